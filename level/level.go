@@ -14,18 +14,7 @@ const longestText = 20000
 
 // Parse reads a text that is one level. FLong: more than 20000 bytes; FText: At the first token that cannot stand there.
 func Parse(text string) (api.Level, error) {
-	s, err := notation.Scan(text, longestText)
-	if err != nil {
-		return api.Level{}, err
-	}
-	l, err := s.Level()
-	if err != nil {
-		return api.Level{}, err
-	}
-	if err := s.Finish(); err != nil {
-		return api.Level{}, err
-	}
-	return l, nil
+	return notation.Read(text, longestText, (*notation.Scanner).Level)
 }
 
 // Print is a level's text, with one blank between the parts within brackets.

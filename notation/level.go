@@ -6,14 +6,14 @@ import (
 	"provekernel/api"
 )
 
-// shape of a level in brackets: the word that it begins with, how many levels follow.
-type shape struct {
+// levelShape of a level in brackets: the word that it begins with, how many levels follow.
+type levelShape struct {
 	word  string
 	parts int
 }
 
-// shapes, by kind; a kind without a word stands without brackets.
-var shapes = [...]shape{
+// levelShapes, by kind; a kind without a word stands without brackets.
+var levelShapes = [...]levelShape{
 	api.Zero:  {},
 	api.Succ:  {"s", 1},
 	api.Max:   {"max", 2},
@@ -21,59 +21,45 @@ var shapes = [...]shape{
 	api.Param: {},
 }
 
-// Level reads one level; with a fault it answers the zero Level.
-func (s *Scanner) Level() (api.Level, error) {
-	t := s.Next()
+// Level reads one level.
+func (s *Scanner) Level() api.Level {
+	t := s.Expect(Open, Name, Digits)
 	switch {
 	case t.Kind == Open:
-		return s.bracketed()
+		return s.levelInBrackets()
 	case t.Kind == Name:
-		return api.Level{Kind: api.Param, Name: t.Text}, nil
-	case t.Kind == Digits && t.Text == "0":
-		return api.Level{Kind: api.Zero}, nil
+		return api.Level{Kind: api.Param, Name: t.Text}
+	case t.Text != "0":
+		t.misplaced()
 	}
-	return api.Level{}, t.Misplaced()
+	return api.Level{Kind: api.Zero}
 }
 
-// bracketed reads what follows a level's opening bracket.
-func (s *Scanner) bracketed() (api.Level, error) {
-	head := s.Next()
-	kind, ok := kindOf(head)
-	if !ok {
-		return api.Level{}, head.Misplaced()
+// levelInBrackets reads what follows a level's opening bracket.
+func (s *Scanner) levelInBrackets() api.Level {
+	l := api.Level{Kind: s.Word(levelKind)}
+	for range levelShapes[l.Kind].parts {
+		l.Args = append(l.Args, s.Level())
 	}
-	l := api.Level{Kind: kind}
-	for range shapes[kind].parts {
-		part, err := s.Level()
-		if err != nil {
-			return api.Level{}, err
-		}
-		l.Args = append(l.Args, part)
-	}
-	if t := s.Next(); t.Kind != Close {
-		return api.Level{}, t.Misplaced()
-	}
-	return l, nil
+	s.Expect(Close)
+	return l
 }
 
-// kindOf is the kind of level that begins with that token behind a bracket.
-func kindOf(t Token) (int, bool) {
-	if t.Kind != Name {
-		return 0, false
-	}
-	for kind, sh := range shapes {
-		if sh.word == t.Text {
-			return kind, true
+// levelKind is the kind of level that begins with that word behind a bracket; 0 if none does.
+func levelKind(word string) int {
+	for kind, shape := range levelShapes {
+		if shape.word == word {
+			return kind
 		}
 	}
-	return 0, false
+	return 0
 }
 
 // WriteLevel writes a level as it is printed. One of an unknown kind is written as 0, so that no tree makes it panic.
 func WriteLevel(b *strings.Builder, l api.Level) {
 	word := ""
-	if 0 <= l.Kind && l.Kind < len(shapes) {
-		word = shapes[l.Kind].word
+	if 0 <= l.Kind && l.Kind < len(levelShapes) {
+		word = levelShapes[l.Kind].word
 	}
 	switch {
 	case l.Kind == api.Param:

@@ -1,7 +1,9 @@
-// Package notation: how the core stands in texts: tokens, and levels made of them. The layers that read and print the core share it.
+// Package notation: how the core stands in texts: tokens, and levels and terms made of them. The layers that read and print the core share it.
 package notation
 
 import (
+	"slices"
+	"strconv"
 	"strings"
 
 	"provekernel/api"
@@ -10,13 +12,14 @@ import (
 // Kind of a token.
 type Kind int
 
-// The kinds of tokens. Bad is what can stand nowhere.
+// The kinds of tokens. Index is a `#` with its digits, Bad what can stand nowhere.
 const (
 	End Kind = iota
 	Open
 	Close
 	Name
 	Digits
+	Index
 	Bad
 )
 
@@ -29,6 +32,9 @@ type Token struct {
 
 // longestName: how many bytes a name may have.
 const longestName = 40
+
+// greatestIndex: which number may stand behind a `#`.
+const greatestIndex = 99999
 
 // span of bytes that may stand in a name; first: at its beginning, too.
 type span struct {
@@ -45,18 +51,33 @@ var nameSpans = [...]span{
 	{'\'', '\'', false},
 }
 
-// Scanner takes a text apart, token by token.
+// Scanner takes a text apart, token by token. What its methods ask for and do not find they throw, as the fault that Read answers.
 type Scanner struct {
 	text string
 	at   int
 }
 
-// Scan is a scanner of a text of at most that many bytes.
-func Scan(text string, longest int) (*Scanner, error) {
+// Read is what read makes of the whole of a text of at most that many bytes.
+func Read[T any](text string, longest int, read func(s *Scanner) T) (made T, err error) {
 	if len(text) > longest {
-		return nil, &api.Fault{Code: api.FLong}
+		return made, &api.Fault{Code: api.FLong}
 	}
-	return &Scanner{text: text}, nil
+	defer func() {
+		thrown := recover()
+		if thrown == nil {
+			return
+		}
+		fault, ok := thrown.(*api.Fault)
+		if !ok {
+			panic(thrown)
+		}
+		var none T
+		made, err = none, fault
+	}()
+	s := &Scanner{text: text}
+	made = read(s)
+	s.Expect(End)
+	return made, nil
 }
 
 // Next takes the next token; at the text's end, and ever after, End.
@@ -70,17 +91,47 @@ func (s *Scanner) Next() Token {
 	return Token{Kind: kind, At: start, Text: s.text[start:s.at]}
 }
 
-// Finish is a fault, unless nothing but blanks is left.
-func (s *Scanner) Finish() error {
-	if t := s.Next(); t.Kind != End {
-		return t.Misplaced()
+// Expect takes the next token, that must be of one of these kinds.
+func (s *Scanner) Expect(kinds ...Kind) Token {
+	t := s.Next()
+	if !slices.Contains(kinds, t.Kind) {
+		t.misplaced()
 	}
-	return nil
+	return t
 }
 
-// Misplaced is the fault of a token that cannot stand where it does.
-func (t Token) Misplaced() error {
-	return &api.Fault{Code: api.FText, At: t.At}
+// Before tells whether the next token is of that kind, and leaves it there.
+func (s *Scanner) Before(kind Kind) bool {
+	ahead := *s
+	return ahead.Next().Kind == kind
+}
+
+// Name takes a name.
+func (s *Scanner) Name() string { return s.Expect(Name).Text }
+
+// Word takes a name of which kindOf knows what begins with it: its kind, that is not 0.
+func (s *Scanner) Word(kindOf func(word string) int) int {
+	t := s.Expect(Name)
+	kind := kindOf(t.Text)
+	if kind == 0 {
+		t.misplaced()
+	}
+	return kind
+}
+
+// Number takes digits alone, that are a number of at most that.
+func (s *Scanner) Number(most int) int {
+	t := s.Expect(Digits)
+	n, ok := number(t.Text, most)
+	if !ok {
+		t.misplaced()
+	}
+	return n
+}
+
+// misplaced throws the fault of a token that cannot stand where it does.
+func (t Token) misplaced() {
+	panic(&api.Fault{Code: api.FText, At: t.At})
 }
 
 // take moves over one token, of which a byte at least is there.
@@ -95,6 +146,11 @@ func (s *Scanner) take() Kind {
 	case isDigit(c):
 		s.skip(isDigit)
 		return Digits
+	case c == '#':
+		s.skip(isDigit)
+		if _, ok := number(s.text[start+1:s.at], greatestIndex); ok {
+			return Index
+		}
 	case beginsName(c):
 		s.skip(continuesName)
 		if s.at-start <= longestName {
@@ -108,6 +164,18 @@ func (s *Scanner) skip(belongs func(c byte) bool) {
 	for s.at < len(s.text) && belongs(s.text[s.at]) {
 		s.at++
 	}
+}
+
+// number is what digits mean, if there are any, no 0 stands ahead of another one, and they mean at most that.
+func number(digits string, most int) (int, bool) {
+	if len(digits) > 1 && digits[0] == '0' {
+		return 0, false
+	}
+	n, err := strconv.Atoi(digits)
+	if err != nil || n > most {
+		return 0, false
+	}
+	return n, true
 }
 
 func isBlank(c byte) bool { return strings.IndexByte(" \t\n", c) >= 0 }
