@@ -4,6 +4,7 @@ import (
 	"slices"
 
 	"provekernel/api"
+	"provekernel/tree"
 )
 
 // Worth is what a level is worth under numbers for parameters; a parameter that is not there counts as 0.
@@ -60,8 +61,8 @@ func part(l api.Level, i int) api.Level {
 // it is so where all p are as small as they may be (a gate that is not 0: 1; what is no gate: 0), and, for each p, where
 // that one alone is so great that p + k outweighs all else.
 func always(a, b api.Level, holds func(x, y int) bool) bool {
-	if written(a, b) {
-		return true
+	if tree.SameLevel(a, b) {
+		return true // most levels that are compared are the same: nothing need be tried then
 	}
 	both := api.Level{Kind: api.Max, Args: []api.Level{a, b}}
 	isGate := gates(both)
@@ -86,11 +87,6 @@ func always(a, b api.Level, holds func(x, y int) bool) bool {
 		return !mayBeGreat || try(rest, false)
 	}
 	return try(Params(both), true)
-}
-
-// written tells whether two levels are the same as they are written: most that are compared are, and then nothing need be tried.
-func written(a, b api.Level) bool {
-	return a.Kind == b.Kind && a.Name == b.Name && slices.EqualFunc(a.Args, b.Args, written)
 }
 
 // gates counts, for each parameter, how often it stands where it may decide whether an imax is worth 0.

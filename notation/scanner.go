@@ -7,6 +7,7 @@ import (
 	"strings"
 
 	"provekernel/api"
+	"provekernel/fault"
 )
 
 // Kind of a token.
@@ -58,26 +59,16 @@ type Scanner struct {
 }
 
 // Read is what read makes of the whole of a text of at most that many bytes.
-func Read[T any](text string, longest int, read func(s *Scanner) T) (made T, err error) {
-	if len(text) > longest {
-		return made, &api.Fault{Code: api.FLong}
-	}
-	defer func() {
-		thrown := recover()
-		if thrown == nil {
-			return
+func Read[T any](text string, longest int, read func(s *Scanner) T) (T, error) {
+	return fault.Caught(func() T {
+		if len(text) > longest {
+			fault.Throw(api.FLong)
 		}
-		fault, ok := thrown.(*api.Fault)
-		if !ok {
-			panic(thrown)
-		}
-		var none T
-		made, err = none, fault
-	}()
-	s := &Scanner{text: text}
-	made = read(s)
-	s.Expect(End)
-	return made, nil
+		s := &Scanner{text: text}
+		made := read(s)
+		s.Expect(End)
+		return made
+	})
 }
 
 // Next takes the next token; at the text's end, and ever after, End.
@@ -131,7 +122,7 @@ func (s *Scanner) Number(most int) int {
 
 // misplaced throws the fault of a token that cannot stand where it does.
 func (t Token) misplaced() {
-	panic(&api.Fault{Code: api.FText, At: t.At})
+	fault.ThrowAt(api.FText, t.At)
 }
 
 // take moves over one token, of which a byte at least is there.

@@ -29,8 +29,8 @@ const (
 	vecRec = "(pi (sort (s u)) (pi (pi (const Nat) (pi (app (app (const Vec u) #1) #0) (sort r))) (pi (app (app #0 (const zero)) (app (const vnil u) #1)) (pi (pi (const Nat) (pi #3 (pi (app (app (const Vec u) #4) #1) (pi (app (app #4 #2) #0) (app (app #5 (app (const succ) #3)) (app (app (app (app (const vcons u) #6) #3) #2) #1)))))) (pi (const Nat) (pi (app (app (const Vec u) #4) #0) (app (app #4 #1) #0)))))))"
 
 	// trees: a recursive argument that is a function, two parameters, two levels.
-	tree    = "(inductive W (u v) 2 (pi (sort (s u)) (pi (pi #0 (sort (s v))) (sort (s (max u v))))) (ctor sup (pi (sort (s u)) (pi (pi #0 (sort (s v))) (pi #1 (pi (pi (app #1 #0) (app (app (const W u v) #3) #2)) (app (app (const W u v) #3) #2)))))))"
-	treeRec = "(pi (sort (s u)) (pi (pi #0 (sort (s v))) (pi (pi (app (app (const W u v) #1) #0) (sort r)) (pi (pi #2 (pi (pi (app #2 #0) (app (app (const W u v) #4) #3)) (pi (pi (app #3 #1) (app #3 (app #1 #0))) (app #3 (app (app (app (app (const sup u v) #5) #4) #2) #1))))) (pi (app (app (const W u v) #3) #2) (app #2 #0))))))"
+	branching    = "(inductive W (u v) 2 (pi (sort (s u)) (pi (pi #0 (sort (s v))) (sort (s (max u v))))) (ctor sup (pi (sort (s u)) (pi (pi #0 (sort (s v))) (pi #1 (pi (pi (app #1 #0) (app (app (const W u v) #3) #2)) (app (app (const W u v) #3) #2)))))))"
+	branchingRec = "(pi (sort (s u)) (pi (pi #0 (sort (s v))) (pi (pi (app (app (const W u v) #1) #0) (sort r)) (pi (pi #2 (pi (pi (app #2 #0) (app (app (const W u v) #4) #3)) (pi (pi (app #3 #1) (app #3 (app #1 #0))) (app #3 (app (app (app (app (const sup u v) #5) #4) #2) #1))))) (pi (app (app (const W u v) #3) #2) (app #2 #0))))))"
 
 	// no constructor at all.
 	never    = "(inductive False () 0 (sort 0))"
@@ -73,7 +73,7 @@ func world(t testing.TB) *Env {
 	put(t, e, boolean, []string{"r"}, booleanRec)
 	put(t, e, list, []string{"r", "u"}, listRec)
 	put(t, e, vec, []string{"r", "u"}, vecRec)
-	put(t, e, tree, []string{"r", "u", "v"}, treeRec)
+	put(t, e, branching, []string{"r", "u", "v"}, branchingRec)
 	put(t, e, never, []string{"r"}, neverRec)
 	put(t, e, rest, nil, "")
 	return e
@@ -118,7 +118,7 @@ func TestType(t *testing.T) {
 		{"Nat.rec", "r", natRec},
 		{"Vec", "u", "(pi (sort (s u)) (pi (const Nat) (sort (s u))))"},
 		{"nil", "u", "(pi (sort (s u)) (app (const List u) #0))"},
-		{"W.rec", "r u v", treeRec},
+		{"W.rec", "r u v", branchingRec},
 		{"False.rec", "r", neverRec},
 	} {
 		params, typ, ok := e.Type(c.name)
@@ -141,7 +141,7 @@ func TestDecls(t *testing.T) {
 	}
 	e = world(t)
 	var want []api.Decl
-	for _, text := range []string{nat, boolean, list, vec, tree, never, rest} {
+	for _, text := range []string{nat, boolean, list, vec, branching, never, rest} {
 		ds, err := file.Parse(text)
 		if err != nil {
 			t.Fatal(err)
@@ -215,7 +215,7 @@ func TestWhatIsPutIsNotKept(t *testing.T) {
 	}{
 		{nat, []string{"r"}, natRec},
 		{list, []string{"r", "u"}, listRec},
-		{tree, []string{"r", "u", "v"}, treeRec},
+		{branching, []string{"r", "u", "v"}, branchingRec},
 		{rest, nil, "#0"},
 	} {
 		ds, err := file.Parse(c.text)

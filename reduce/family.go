@@ -3,6 +3,7 @@ package reduce
 import (
 	"provekernel/api"
 	"provekernel/term"
+	"provekernel/tree"
 )
 
 // family: what the recursor of an inductive family must know to take a step.
@@ -72,7 +73,7 @@ func hypothesis(xs, js []api.Term, a, again int) api.Term {
 // telescope takes a type apart into the types of its pi, as it is written, and what stands behind them.
 func telescope(t api.Term) ([]api.Term, api.Term) {
 	var binders []api.Term
-	for is(&t, api.Pi) {
+	for tree.Is(&t, api.Pi) {
 		binders = append(binders, t.Args[0])
 		t = t.Args[1]
 	}

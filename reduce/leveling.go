@@ -4,6 +4,7 @@ import (
 	"slices"
 
 	"provekernel/api"
+	"provekernel/tree"
 )
 
 // leveling: what the parameters of levels stand for; nil: for themselves.
@@ -28,7 +29,7 @@ func (g *leveling) putAll(ls []api.Level) ([]api.Level, []int) {
 	var parts []int
 	for _, l := range ls {
 		n := g.partsOf(l)
-		if n > mostParts {
+		if n > tree.MostParts {
 			tire()
 		}
 		put, _ := g.change(l)

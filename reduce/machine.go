@@ -4,26 +4,16 @@ import (
 	"slices"
 
 	"provekernel/api"
+	"provekernel/fault"
+	"provekernel/tree"
 )
-
-// mostParts: how many parts a term that is told may have. The document promises nothing beyond 20000; there is some room
-// beyond that, so that nothing hangs on how parts are counted.
-const mostParts = 60000
 
 // mostPending: how many arguments may wait at once, those of majors within majors counted together. What comes so far takes
 // steps without end, or is far larger than the document allows.
 const mostPending = 1 << 20
 
-// partCounts: how many parts a term has, by kind.
-var partCounts = [...]int{api.App: 2, api.Lam: 2, api.Pi: 2, api.Let: 3}
-
-// is tells whether a term is of that kind, with all its parts: what is not well formed must not make the machine panic.
-func is(t *api.Term, kind int) bool {
-	return t.Kind == kind && len(t.Args) == partCounts[kind]
-}
-
 // tire throws the fault that says that there is too little fuel.
-func tire() { panic(&api.Fault{Code: api.FTired}) }
+func tire() { fault.Throw(api.FTired) }
 
 // machine takes steps in an environment. It keeps on lists of its own what waits, since majors may lie within majors as deep
 // as there is fuel.
@@ -124,13 +114,13 @@ func (m *machine) move(c closure) (closure, bool) {
 	switch {
 	case t.Kind == api.Var && s != nil:
 		return s.find(t.N).closure, false
-	case is(t, api.App):
+	case tree.Is(t, api.App):
 		m.push(s.enclose(&t.Args[1]))
 		return closure{&t.Args[0], s}, false
-	case is(t, api.Lam) && m.waiting() > 0:
+	case tree.Is(t, api.Lam) && m.waiting() > 0:
 		m.spend(1)
 		return closure{&t.Args[1], s.with(m.pop(1)...)}, false
-	case is(t, api.Let):
+	case tree.Is(t, api.Let):
 		m.spend(1)
 		return closure{&t.Args[2], s.with(s.enclose(&t.Args[1]))}, false
 	case t.Kind == api.Const:

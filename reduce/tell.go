@@ -3,12 +3,13 @@ package reduce
 import (
 	"provekernel/api"
 	"provekernel/level"
+	"provekernel/tree"
 )
 
 // count counts parts of the term that is being told.
 func (m *machine) count(parts int) {
 	m.parts += parts
-	if m.parts > mostParts {
+	if m.parts > tree.MostParts {
 		tire()
 	}
 }
@@ -32,7 +33,7 @@ func (m *machine) normalForm(t api.Term) api.Term {
 func (m *machine) normal(what *thunk, depth int) api.Term {
 	base := len(m.stack)
 	made := m.parted(m.run(what), depth, m.normal)
-	if m.eta && is(&made, api.Lam) {
+	if m.eta && tree.Is(&made, api.Lam) {
 		made = contracted(made)
 	}
 	return m.applied(made, base, m.normal, depth)
@@ -67,7 +68,7 @@ func (m *machine) parted(c closure, depth int, tell teller) api.Term {
 		made.N = bound(depth)
 	}
 	for i := range t.Args {
-		if binds(t, i) {
+		if tree.Binders(t, i) > 0 {
 			s, depth = s.with(outside(bound(depth))), depth+1
 		}
 		made.Args = append(made.Args, tell(s.enclose(&t.Args[i]), depth))
@@ -87,19 +88,10 @@ func (m *machine) levels(c closure) []api.Level {
 	return made
 }
 
-// binds tells whether a term binds a variable in its part i.
-func binds(t *api.Term, i int) bool {
-	switch t.Kind {
-	case api.Lam, api.Pi, api.Let:
-		return i == len(t.Args)-1
-	}
-	return false
-}
-
 // contracted is f of (lam A (app f #0)), where #0 does not stand in f; of another function itself.
 func contracted(t api.Term) api.Term {
 	body := t.Args[1]
-	if !is(&body, api.App) || !isVariable(&body.Args[1], t.N) || stands(&body.Args[0], t.N) {
+	if !tree.Is(&body, api.App) || !isVariable(&body.Args[1], t.N) || stands(&body.Args[0], t.N) {
 		return t
 	}
 	return body.Args[0]
@@ -136,7 +128,7 @@ func settled(t api.Term) api.Term {
 		n := t.N
 		t.N = 0
 		for i := range t.Args {
-			if binds(t, i) {
+			if tree.Binders(t, i) > 0 {
 				depths[n] = depth
 				depth++
 			}

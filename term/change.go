@@ -5,6 +5,7 @@ import (
 
 	"provekernel/api"
 	"provekernel/level"
+	"provekernel/tree"
 )
 
 // change makes a term anew: with what free makes of each free variable, what level makes of each level.
@@ -74,7 +75,7 @@ func (c change) under(t api.Term, binders int) api.Term {
 		made.Levels = append(made.Levels, c.level(l))
 	}
 	for i, arg := range t.Args {
-		made.Args = append(made.Args, c.under(arg, binders+bindersOver(t, i)))
+		made.Args = append(made.Args, c.under(arg, binders+tree.Binders(&t, i)))
 	}
 	return made
 }
