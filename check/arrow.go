@@ -1,6 +1,9 @@
 package check
 
-import "provekernel/api"
+import (
+	"provekernel/api"
+	"provekernel/tree"
+)
 
 // arrow: what is left of a function's type, and the arguments that its variables stand for but that have not been put in
 // yet, the outermost first: a function of many arguments would have its whole type made anew for each.
@@ -15,6 +18,6 @@ func (a arrow) put(part *api.Term) formed {
 		if n < len(a.args) {
 			return a.args[len(a.args)-1-n].formed()
 		}
-		return formed{variable(n - len(a.args)), 1}
+		return formed{tree.Variable(n - len(a.args)), 1}
 	})
 }

@@ -9,6 +9,7 @@ import (
 	"provekernel/api"
 	"provekernel/reduce"
 	"provekernel/term"
+	"provekernel/tree"
 )
 
 // nested puts a term into itself, so many times.
@@ -17,25 +18,6 @@ func nested(n int, inner api.Term, around func(t api.Term) api.Term) api.Term {
 		inner = around(inner)
 	}
 	return inner
-}
-
-func parts(t api.Term) int {
-	n := 1
-	for _, arg := range t.Args {
-		n += parts(arg)
-	}
-	for _, l := range t.Levels {
-		n += levelParts(l)
-	}
-	return n
-}
-
-func levelParts(l api.Level) int {
-	n := 1
-	for _, arg := range l.Args {
-		n += levelParts(arg)
-	}
-	return n
 }
 
 // large: a term of many parts, and its type's text, or the fault that is told of it.
@@ -60,20 +42,20 @@ func largeTerms() []large {
 	return []large{
 		{"a number", around(9900, api.App, zero, named("succ")), "(const Nat)"},
 		{"functions", around(6000, api.Lam, zero, nat), repeated(6000, "(pi (const Nat) ", "(const Nat)", ")")},
-		{"functions, with the outermost variable", around(6000, api.Lam, variable(5999), nat), repeated(6000, "(pi (const Nat) ", "(const Nat)", ")")},
+		{"functions, with the outermost variable", around(6000, api.Lam, tree.Variable(5999), nat), repeated(6000, "(pi (const Nat) ", "(const Nat)", ")")},
 		{"products", around(4900, api.Pi, nat, nat), "(sort " + repeated(4900, "(imax (s 0) ", "(s 0)", ")") + ")"},
 		{"products of products", nested(4900, nat, func(x api.Term) api.Term { return node(api.Pi, x, nat) }), "(sort " + repeated(4900, "(imax ", "(s 0)", " (s 0))") + ")"},
 		{"sums on the left", nested(4900, zero, func(x api.Term) api.Term { return sum(x, zero) }), "(const Nat)"},
 		{"sums on the right", nested(4900, zero, func(x api.Term) api.Term { return sum(zero, x) }), "(const Nat)"},
 		{"functions that are applied", nested(3300, nat, func(x api.Term) api.Term {
-			return spine(node(api.Lam, sort(succ(api.Level{})), variable(0)), x)
+			return spine(node(api.Lam, sort(succ(api.Level{})), tree.Variable(0)), x)
 		}), "(sort (s 0))"},
-		{"lets in bodies", around(4900, api.Let, variable(0), nat, zero), "(const Nat)"},
-		{"lets in bodies, each with the one ahead", node(api.Let, nat, zero, around(3300, api.Let, variable(0), nat, spine(named("succ"), variable(0)))), "(const Nat)"},
-		{"lets in bodies, each with twice the one ahead", node(api.Let, nat, zero, around(2400, api.Let, variable(0), nat, sum(variable(0), variable(0)))), "(const Nat)"},
-		{"lets in values", nested(2800, zero, func(x api.Term) api.Term { return node(api.Let, nat, x, sum(variable(0), variable(0))) }), "(const Nat)"},
+		{"lets in bodies", around(4900, api.Let, tree.Variable(0), nat, zero), "(const Nat)"},
+		{"lets in bodies, each with the one ahead", node(api.Let, nat, zero, around(3300, api.Let, tree.Variable(0), nat, spine(named("succ"), tree.Variable(0)))), "(const Nat)"},
+		{"lets in bodies, each with twice the one ahead", node(api.Let, nat, zero, around(2400, api.Let, tree.Variable(0), nat, sum(tree.Variable(0), tree.Variable(0)))), "(const Nat)"},
+		{"lets in values", nested(2800, zero, func(x api.Term) api.Term { return node(api.Let, nat, x, sum(tree.Variable(0), tree.Variable(0))) }), "(const Nat)"},
 		{"lets in values, under functions", nested(2200, named("f"), func(x api.Term) api.Term {
-			return node(api.Let, named("Unary"), x, node(api.Lam, nat, spine(variable(1), spine(variable(1), variable(0)))))
+			return node(api.Let, named("Unary"), x, node(api.Lam, nat, spine(tree.Variable(1), spine(tree.Variable(1), tree.Variable(0)))))
 		}), "(pi (const Nat) (const Nat))"},
 		{"lets in types", nested(3000, nat, func(x api.Term) api.Term { return node(api.Let, x, zero, nat) }), "(sort (s 0))"},
 		{"a function of many arguments", wide(2400), "(pi " + repeated(2400, "(pi (const Nat) ", "(sort 0)", ")") + " (pi " + wideType(2400) + " " + repeated(2400, "(app ", "#1", " (const zero))") + "))"},
@@ -84,9 +66,9 @@ func largeTerms() []large {
 func wide(n int) api.Term {
 	nat := named("Nat")
 	pis := func(x api.Term) api.Term { return node(api.Pi, nat, x) }
-	holds, used := variable(n), variable(0)
+	holds, used := tree.Variable(n), tree.Variable(0)
 	for i := range n {
-		holds, used = spine(holds, variable(n-1-i)), spine(used, named("zero"))
+		holds, used = spine(holds, tree.Variable(n-1-i)), spine(used, named("zero"))
 	}
 	return node(api.Lam, nested(n, sort(api.Level{}), pis), node(api.Lam, nested(n, holds, pis), used))
 }
@@ -103,7 +85,7 @@ func wideType(n int) string {
 func TestLargeTerms(t *testing.T) {
 	e := world(t)
 	for _, c := range largeTerms() {
-		if n := parts(c.made); n < 9000 || n > 20000 {
+		if n := tree.Parts(&c.made); n < 9000 || n > 20000 {
 			t.Errorf("%s has %d parts", c.what, n)
 		}
 		for _, fuel := range []int{10, 100000} {
@@ -123,7 +105,7 @@ func TestLargeTypes(t *testing.T) {
 	e := world(t)
 	nat := named("Nat")
 	pis := func(x api.Term) api.Term { return node(api.Pi, nat, x) }
-	closed, open := nested(2000, spine(named("P"), variable(0)), pis), nested(2000, spine(variable(2000), variable(0)), pis)
+	closed, open := nested(2000, spine(named("P"), tree.Variable(0)), pis), nested(2000, spine(tree.Variable(2000), tree.Variable(0)), pis)
 	for _, d := range []api.Decl{
 		{Kind: api.Def, Name: "Large", Type: sort(api.Level{}), Value: node(api.Pi, closed, term.Lift(closed, 1, 0))},
 		{Kind: api.Axiom, Name: "large", Type: named("Large")},
@@ -134,7 +116,7 @@ func TestLargeTypes(t *testing.T) {
 	ctx := []api.Term{parsed(t, "(pi (const Nat) (sort 0))"), open, node(api.Pi, term.Lift(open, 1, 0), term.Lift(open, 2, 0))}
 	for _, c := range []large{
 		{"of the environment", nested(3000, named("small"), func(x api.Term) api.Term { return spine(named("large"), x) }), term.Print(closed)},
-		{"of the context", nested(3000, variable(1), func(x api.Term) api.Term { return spine(variable(0), x) }), term.Print(term.Lift(open, 2, 0))},
+		{"of the context", nested(3000, tree.Variable(1), func(x api.Term) api.Term { return spine(tree.Variable(0), x) }), term.Print(term.Lift(open, 2, 0))},
 	} {
 		if got := (asked{e, ctx, 100}).told(t, c.made); got != c.want {
 			t.Errorf("%s: %.80s, want %.80s", c.what, got, c.want)
@@ -147,24 +129,26 @@ func TestTermsThatGrow(t *testing.T) {
 	e := world(t)
 	nat, zero := named("Nat"), named("zero")
 	doubled := func(n int, inner api.Term) api.Term {
-		return nested(n, inner, func(x api.Term) api.Term { return node(api.Let, nat, spine(named("add"), variable(0), variable(0)), x) })
+		return nested(n, inner, func(x api.Term) api.Term {
+			return node(api.Let, nat, spine(named("add"), tree.Variable(0), tree.Variable(0)), x)
+		})
 	}
 	for _, c := range []large{
-		{"a type with a value that has doubled often", node(api.Let, nat, zero, doubled(80, spine(named("p"), variable(0)))), "FTired"},
-		{"a domain with such a value", node(api.Let, nat, zero, doubled(80, node(api.Lam, spine(named("P"), variable(0)), variable(0)))), "FTired"},
-		{"a level that has doubled often", node(api.Let, sort(succ(succ(api.Level{}))), sort(succ(api.Level{})), nested(80, variable(0), func(x api.Term) api.Term {
-			return node(api.Let, sort(succ(succ(api.Level{}))), node(api.Pi, variable(0), variable(1)), x)
+		{"a type with a value that has doubled often", node(api.Let, nat, zero, doubled(80, spine(named("p"), tree.Variable(0)))), "FTired"},
+		{"a domain with such a value", node(api.Let, nat, zero, doubled(80, node(api.Lam, spine(named("P"), tree.Variable(0)), tree.Variable(0)))), "FTired"},
+		{"a level that has doubled often", node(api.Let, sort(succ(succ(api.Level{}))), sort(succ(api.Level{})), nested(80, tree.Variable(0), func(x api.Term) api.Term {
+			return node(api.Let, sort(succ(succ(api.Level{}))), node(api.Pi, tree.Variable(0), tree.Variable(1)), x)
 		})), "FTired"},
 		{"pairs of one and the same part", nested(80, nat, func(x api.Term) api.Term { return node(api.Pi, x, x) }), "FTired"},
 		{"sums of one and the same part", nested(80, zero, func(x api.Term) api.Term { return spine(named("add"), x, x) }), "FTired"},
 		{"functions of one and the same part", nested(80, zero, func(x api.Term) api.Term { return node(api.Lam, nat, spine(named("add"), x, x)) }), "FArg"},
 		{"a great number", nested(300000, zero, func(x api.Term) api.Term { return spine(named("succ"), x) }), "FTired"},
 		{"very many functions", nested(300000, zero, func(x api.Term) api.Term { return node(api.Lam, nat, x) }), "FTired"},
-		{"very many lets in values", nested(300000, zero, func(x api.Term) api.Term { return node(api.Let, nat, x, variable(0)) }), "FTired"},
+		{"very many lets in values", nested(300000, zero, func(x api.Term) api.Term { return node(api.Let, nat, x, tree.Variable(0)) }), "FTired"},
 		{"very many products in types", nested(300000, nat, func(x api.Term) api.Term { return node(api.Pi, x, nat) }), "FTired"},
 		{"very many arguments", nested(300000, named("add"), func(x api.Term) api.Term { return spine(x, zero) }), "FTired"},
-		{"a doubled value that no type has", node(api.Let, nat, zero, doubled(80, variable(0))), "(const Nat)"},
-		{"what is wrong ahead of what is too large", node(api.Lam, variable(0), nested(80, nat, func(x api.Term) api.Term { return node(api.Pi, x, x) })), "FVar"},
+		{"a doubled value that no type has", node(api.Let, nat, zero, doubled(80, tree.Variable(0))), "(const Nat)"},
+		{"what is wrong ahead of what is too large", node(api.Lam, tree.Variable(0), nested(80, nat, func(x api.Term) api.Term { return node(api.Pi, x, x) })), "FVar"},
 	} {
 		if got := (asked{e, nil, 1000}).told(t, c.made); got != c.want {
 			t.Errorf("%s: %.80s, want %s", c.what, got, c.want)
@@ -251,8 +235,8 @@ func TestTreesThatCannotBe(t *testing.T) {
 				for _, ctx := range [][]api.Term{nil, {odd}, {named("Nat"), odd, made}, {{Kind: api.Var, N: math.MaxInt}, {Kind: api.Var, N: -5}}} {
 					Infer(e, levelNames, ctx, made, 100)
 					Sort(e, levelNames, ctx, made, 100)
-					Infer(e, levelNames, ctx, variable(0), 100)
-					Infer(e, levelNames, ctx, node(api.Lam, variable(0), variable(1)), 100)
+					Infer(e, levelNames, ctx, tree.Variable(0), 100)
+					Infer(e, levelNames, ctx, node(api.Lam, tree.Variable(0), tree.Variable(1)), 100)
 				}
 				Decl(e, api.Decl{Kind: kind, Name: "x", Type: made, Value: made}, 100)
 				Decl(e, api.Decl{Kind: api.Def, Name: "x", Type: named("Nat"), Value: made}, 100)

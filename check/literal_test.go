@@ -10,6 +10,7 @@ import (
 	"provekernel/level"
 	"provekernel/reduce"
 	"provekernel/term"
+	"provekernel/tree"
 )
 
 // literal finds types by the chapter's words, by substitution in whole terms: what Infer is held against.
@@ -189,7 +190,7 @@ func (m *maker) variable(what int, other api.Term) api.Term {
 	if len(found) == 0 {
 		return other
 	}
-	return variable(found[m.Intn(len(found))])
+	return tree.Variable(found[m.Intn(len(found))])
 }
 
 // choose makes one of several things.
@@ -205,8 +206,8 @@ func (m *maker) nat(deep int) api.Term {
 		func() api.Term { return named("Nat") },
 		func() api.Term { return m.nat(0) },
 		func() api.Term { return spine(named("id", succ(one)), named("Type"), m.nat(deep-1)) },
-		func() api.Term { return spine(node(api.Lam, sort(one), variable(0)), m.nat(deep-1)) },
-		func() api.Term { return node(api.Let, named("Type"), m.nat(deep-1), variable(0)) },
+		func() api.Term { return spine(node(api.Lam, sort(one), tree.Variable(0)), m.nat(deep-1)) },
+		func() api.Term { return node(api.Let, named("Type"), m.nat(deep-1), tree.Variable(0)) },
 		func() api.Term {
 			a := m.number(deep - 1)
 			return spine(node(api.Lam, m.nat(deep-1), m.under(isNumber, func() api.Term { return m.nat(deep - 1) })), a)
@@ -278,7 +279,9 @@ func (m *maker) proof(deep int) api.Term {
 		func() api.Term { return m.variable(isOneTwo, named("two")) },
 		func() api.Term { return spine(named("succ"), named("one")) },
 		func() api.Term { return spine(named("add"), named("one"), named("one")) },
-		func() api.Term { return node(api.Let, m.nat(deep-1), named("one"), spine(named("succ"), variable(0))) },
+		func() api.Term {
+			return node(api.Let, m.nat(deep-1), named("one"), spine(named("succ"), tree.Variable(0)))
+		},
 	)
 	return spine(named("p"), two)
 }
@@ -300,7 +303,7 @@ func (m *maker) any(deep int) api.Term {
 		},
 		func() api.Term {
 			return node(api.Lam, sort(param("u")), m.under(isUnlikely, func() api.Term {
-				return node(api.Lam, variable(0), m.under(isUnlikely, func() api.Term { return m.any(deep - 2) }))
+				return node(api.Lam, tree.Variable(0), m.under(isUnlikely, func() api.Term { return m.any(deep - 2) }))
 			}))
 		},
 		func() api.Term { return m.let(deep, m.any) },
@@ -316,7 +319,7 @@ func (m *maker) spoiled(t api.Term) api.Term {
 		return t
 	}
 	return []api.Term{
-		variable(0), variable(1), variable(2), variable(7), sort(api.Level{}), sort(param("v")), sort(param("w")), named("none"), named("Nat"), named("Nat", param("u")),
+		tree.Variable(0), tree.Variable(1), tree.Variable(2), tree.Variable(7), sort(api.Level{}), sort(param("v")), sort(param("w")), named("none"), named("Nat"), named("Nat", param("u")),
 		named("zero"), named("two"), named("a"), named("succ"), named("id", succ(api.Level{})), named("id"), named("id", param("w")), named("P"), named("Deep"),
 	}[m.Intn(19)]
 }

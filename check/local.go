@@ -5,6 +5,7 @@ import (
 	"strings"
 
 	"provekernel/api"
+	"provekernel/tree"
 )
 
 // localMark begins the names of locals: no name of a constant begins so.
@@ -36,7 +37,7 @@ func bound(t *api.Term, first, next int) formed {
 		if !ok || number < first {
 			return nil
 		}
-		return &formed{variable(next - 1 - number + binders), 1}
+		return &formed{tree.Variable(next - 1 - number + binders), 1}
 	}}
 	return r.made(t)
 }
@@ -51,5 +52,3 @@ func products(domains []formed, result formed, first int) formed {
 	}
 	return made
 }
-
-func variable(n int) api.Term { return api.Term{Kind: api.Var, N: n} }

@@ -34,10 +34,22 @@ type constant struct {
 type Env struct {
 	decls []api.Decl
 	known map[string]constant
+	outer *Env // what is known beside these; nil: nothing
 }
 
 // New is an environment that knows nothing.
 func New() *Env { return &Env{} }
+
+// With is an environment that knows what this one does, and an axiom or a definition beside it. This one stays as it is: a
+// layer can look at terms in an environment that there would be.
+func (e *Env) With(d api.Decl) *Env {
+	more := &Env{outer: e}
+	more.Put(d, nil, api.Term{})
+	return more
+}
+
+// Recursor is the name of a family's recursor.
+func Recursor(family string) string { return family + ".rec" }
 
 // Known tells whether there is a constant of that name.
 func (e *Env) Known(name string) bool { return e.find(name).kind != unknown }
@@ -47,7 +59,7 @@ func (e *Env) Decls() []api.Decl {
 	if e == nil {
 		return nil
 	}
-	var ds []api.Decl
+	ds := e.outer.Decls()
 	for _, d := range e.decls {
 		ds = append(ds, copiedDecl(d))
 	}
@@ -92,15 +104,17 @@ func (e *Env) putParts(d api.Decl, rec constant) {
 	for i, c := range d.Ctors {
 		e.known[c.Name] = constant{kind: constructor, params: d.Params, typ: c.Type, family: rec.family, number: i}
 	}
-	e.known[d.Name+".rec"] = rec
+	e.known[Recursor(d.Name)] = rec
 }
 
 // find is what is known of a name; of kind unknown, if nothing is.
 func (e *Env) find(name string) constant {
-	if e == nil {
-		return constant{}
+	for ; e != nil; e = e.outer {
+		if c, ok := e.known[name]; ok {
+			return c
+		}
 	}
-	return e.known[name]
+	return constant{}
 }
 
 // copiedDecl shares no list with the declaration.

@@ -278,3 +278,45 @@ func TestZeroEnv(t *testing.T) {
 		t.Errorf("n has not been put")
 	}
 }
+
+// An environment with one more constant knows what there was, and the one that it was made from knows no more than before.
+func TestWith(t *testing.T) {
+	e := world(t)
+	before := file.PrintAll(e.Decls())
+	d, err := file.Parse("(def more (u) (pi (sort u) (sort u)) (lam (sort u) #0)) (axiom other () (const Nat)) (axiom n (u) (sort u))")
+	if err != nil {
+		t.Fatal(err)
+	}
+	more := e.With(d[0])
+	other := more.With(d[1])
+	hidden := e.With(d[2])
+	if !more.Known("more") || !other.Known("more") || !other.Known("other") || !other.Known("Nat.rec") || !other.Known("add") {
+		t.Errorf("what was added is not known, or what there was no more is")
+	}
+	if e.Known("more") || more.Known("other") || hidden.Known("more") || file.PrintAll(e.Decls()) != before {
+		t.Errorf("what was added is known beside where it was")
+	}
+	if got, want := file.PrintAll(other.Decls()), before+file.PrintAll(d[:2]); got != want {
+		t.Errorf("the declarations: %s", got)
+	}
+	if params, typ, _ := hidden.Type("n"); len(params) != 1 || term.Print(typ) != "(sort u)" {
+		t.Errorf("the later one of a name: %v, %s", params, term.Print(typ))
+	}
+	made := parsed(t, "(app (const more 0) (app (app (const add) (const one)) (const one)))")
+	form, steps, err := other.Normal(made, 100)
+	if err != nil || term.Print(form) != "(app (const succ) (app (const succ) (const zero)))" || steps != 11 {
+		t.Errorf("Normal(%s) = %s in %d steps (%v)", term.Print(made), term.Print(form), steps, err)
+	}
+	if form, steps, _ := e.Whnf(made, 100); steps != 0 {
+		t.Errorf("what is not known takes a step, to %s", term.Print(form))
+	}
+	if alone := (*Env)(nil).With(d[1]); !alone.Known("other") || alone.Known("Nat") || len(alone.Decls()) != 1 {
+		t.Errorf("with no environment ahead")
+	}
+}
+
+func TestRecursorsName(t *testing.T) {
+	if got := Recursor("Nat"); got != "Nat.rec" {
+		t.Errorf("Recursor(Nat) = %s", got)
+	}
+}

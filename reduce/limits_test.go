@@ -9,6 +9,7 @@ import (
 
 	"provekernel/api"
 	"provekernel/term"
+	"provekernel/tree"
 )
 
 func node(kind int, parts ...api.Term) api.Term { return api.Term{Kind: kind, Args: parts} }
@@ -74,9 +75,9 @@ func endless(t *testing.T, e *Env) map[string]api.Term {
 (def ping (u v) (sort u) (app (const pong v u) (const n)))
 (def pong (u v) (sort u) (lam (const Nat) (let (const Nat) #0 (const ping u v))))`, nil, "")
 	nat := named("Nat")
-	many := nested(1000, variable(0), func(x api.Term) api.Term { return spine(x, variable(0)) })
-	wider := node(api.Lam, nat, spine(many, variable(0)))
-	drops := node(api.Lam, nat, spine(node(api.Lam, nat, spine(variable(1), variable(1))), many))
+	many := nested(1000, tree.Variable(0), func(x api.Term) api.Term { return spine(x, tree.Variable(0)) })
+	wider := node(api.Lam, nat, spine(many, tree.Variable(0)))
+	drops := node(api.Lam, nat, spine(node(api.Lam, nat, spine(tree.Variable(1), tree.Variable(1))), many))
 	return map[string]api.Term{
 		"same":                    named("same"),
 		"wide":                    named("wide"),
@@ -93,7 +94,7 @@ func endless(t *testing.T, e *Env) map[string]api.Term {
 		"omega in a major":        parsed(t, app("(const Nat.rec u)", "#0", "#1", "#2", "(app (lam (const Nat) (app #0 #0)) (lam (const Nat) (app #0 #0)))")),
 		"omega under far binders": nested(5000, parsed(t, "(app (lam (const Nat) (app #0 #0)) (lam (const Nat) (app (app #0 #0) #5000)))"), func(x api.Term) api.Term { return node(api.Let, nat, named("n"), x) }),
 		"omega, recursors within another": nested(2000, parsed(t, "(app (lam (const Nat) (app #0 #0)) (lam (const Nat) (app #0 #0)))"), func(x api.Term) api.Term {
-			return spine(named("Nat.rec", api.Level{}), variable(0), variable(1), variable(2), x)
+			return spine(named("Nat.rec", api.Level{}), tree.Variable(0), tree.Variable(1), tree.Variable(2), x)
 		}),
 	}
 }
@@ -144,12 +145,12 @@ func TestEndlessForms(t *testing.T) {
 // Steps by which a term becomes far larger than the document allows: all that is asked is that the calls end.
 func TestTermsThatGrow(t *testing.T) {
 	e := world(t)
-	twice := spine(named("f"), variable(0), variable(0))
+	twice := spine(named("f"), tree.Variable(0), tree.Variable(0))
 	for what, made := range map[string]api.Term{
 		"let":  nested(3000, twice, func(x api.Term) api.Term { return node(api.Let, named("Nat"), twice, x) }),
 		"beta": nested(3000, twice, func(x api.Term) api.Term { return spine(node(api.Lam, named("Nat"), x), twice) }),
-		"stuck": nested(60000, variable(0), func(x api.Term) api.Term {
-			return node(api.Let, named("Nat"), spine(named("Nat.rec", param("u")), variable(1), variable(2), variable(3), variable(0)), x)
+		"stuck": nested(60000, tree.Variable(0), func(x api.Term) api.Term {
+			return node(api.Let, named("Nat"), spine(named("Nat.rec", param("u")), tree.Variable(1), tree.Variable(2), tree.Variable(3), tree.Variable(0)), x)
 		}),
 		"number": parsed(t, app("(const mul)", app("(const mul)", num(60), num(60)), app("(const mul)", num(60), num(60)))),
 	} {
@@ -162,7 +163,7 @@ func TestTermsThatGrow(t *testing.T) {
 // largestTerms have just about as many parts as the document allows and are normal forms, deep in each direction or broad.
 func largestTerms() map[string]api.Term {
 	made := map[string]api.Term{}
-	x := variable(3)
+	x := tree.Variable(3)
 	for kind, parts := range []int{api.App: 2, api.Lam: 2, api.Pi: 2} {
 		for i := range parts {
 			if kind == api.Lam && i == 0 {
@@ -175,11 +176,11 @@ func largestTerms() map[string]api.Term {
 			})
 		}
 	}
-	made["types of functions"] = nested(9999, x, func(inner api.Term) api.Term { return node(api.Lam, inner, variable(0)) })
-	made["broad"] = nested(13, variable(0), func(inner api.Term) api.Term { return node(api.Pi, inner, inner) })
+	made["types of functions"] = nested(9999, x, func(inner api.Term) api.Term { return node(api.Lam, inner, tree.Variable(0)) })
+	made["broad"] = nested(13, tree.Variable(0), func(inner api.Term) api.Term { return node(api.Pi, inner, inner) })
 	made["number"] = nested(9999, named("zero"), func(inner api.Term) api.Term { return node(api.App, named("succ"), inner) })
 	made["recursors"] = nested(2200, x, func(inner api.Term) api.Term {
-		return spine(named("Nat.rec"), variable(0), variable(1), variable(2), inner)
+		return spine(named("Nat.rec"), tree.Variable(0), tree.Variable(1), tree.Variable(2), inner)
 	})
 	deep := param("u")
 	for range 19997 {
@@ -193,7 +194,7 @@ func largestTerms() map[string]api.Term {
 func TestLargestTerms(t *testing.T) {
 	e := world(t)
 	for what, made := range largestTerms() {
-		if n := partsOfTerm(made); n < 15000 || n > 20002 {
+		if n := tree.Parts(&made); n < 15000 || n > 20002 {
 			t.Errorf("%s has %d parts", what, n)
 		}
 		text := term.Print(made)
@@ -208,7 +209,7 @@ func TestLargestTerms(t *testing.T) {
 				t.Errorf("%s: Equal to itself %v, %v", what, equal, err)
 			}
 		}
-		put := spine(node(api.Lam, named("Nat"), variable(0)), made)
+		put := spine(node(api.Lam, named("Nat"), tree.Variable(0)), made)
 		if got, steps, err := e.Whnf(put, 1); err != nil || steps != 1 || term.Print(got) != text {
 			t.Errorf("%s, put in: %.60s, %d steps, %v", what, term.Print(got), steps, err)
 		}
@@ -228,8 +229,8 @@ func TestManySteps(t *testing.T) {
 	}{
 		{parsed(t, app("(const add)", "(const n)", num(900))), strings.Replace(num(900), "zero", "n", 1), 3 + 3*900 + 1},
 		{parsed(t, app("(const mul)", num(100), num(90))), num(9000), -1},
-		{nested(6000, named("n"), func(x api.Term) api.Term { return spine(node(api.Lam, named("Nat"), variable(0)), x) }), "(const n)", 6000},
-		{nested(6000, variable(6000), func(x api.Term) api.Term { return node(api.Let, named("Nat"), named("n"), x) }), "#0", 6000},
+		{nested(6000, named("n"), func(x api.Term) api.Term { return spine(node(api.Lam, named("Nat"), tree.Variable(0)), x) }), "(const n)", 6000},
+		{nested(6000, tree.Variable(6000), func(x api.Term) api.Term { return node(api.Let, named("Nat"), named("n"), x) }), "#0", 6000},
 	} {
 		got, steps, err := e.Normal(c.made, 100000)
 		if err != nil || term.Print(got) != c.want || c.steps >= 0 && steps != c.steps {
@@ -248,13 +249,13 @@ func TestManySteps(t *testing.T) {
 // A function of thousands of arguments, written out and not.
 func TestLongEta(t *testing.T) {
 	const n = 4900
-	made := variable(n)
+	made := tree.Variable(n)
 	for i := range n {
-		made = spine(made, variable(n-1-i))
+		made = spine(made, tree.Variable(n-1-i))
 	}
 	long := nested(n, made, func(x api.Term) api.Term { return node(api.Lam, named("Nat"), x) })
 	for i, want := range []bool{true, false} {
-		if got, err := New().Equal(long, variable(i), 0); err != nil || got != want {
+		if got, err := New().Equal(long, tree.Variable(i), 0); err != nil || got != want {
 			t.Errorf("Equal to #%d: %v, %v", i, got, err)
 		}
 	}
@@ -309,9 +310,9 @@ func TestTreesThatCannotBe(t *testing.T) {
 				odd,
 				spine(odd, odd),
 				spine(node(api.Lam, odd, odd), odd),
-				node(api.Let, odd, odd, spine(variable(0), variable(0))),
+				node(api.Let, odd, odd, spine(tree.Variable(0), tree.Variable(0))),
 				spine(named("Nat.rec"), odd, odd, odd, odd),
-				node(api.Lam, odd, spine(odd, variable(0))),
+				node(api.Lam, odd, spine(odd, tree.Variable(0))),
 			} {
 				e.Whnf(made, 100)
 				e.Normal(made, 100)

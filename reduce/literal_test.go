@@ -8,6 +8,7 @@ import (
 	"provekernel/api"
 	"provekernel/level"
 	"provekernel/term"
+	"provekernel/tree"
 )
 
 // literal reduces by the chapter's words, by substitution in whole terms: what the machine is held against.
@@ -30,29 +31,10 @@ func (l *literal) step() {
 }
 
 func (l *literal) seen(t api.Term) api.Term {
-	if partsOfTerm(t) > largest {
+	if tree.Parts(&t) > largest {
 		panic(large{})
 	}
 	return t
-}
-
-func partsOfTerm(t api.Term) int {
-	n := 1
-	for _, arg := range t.Args {
-		n += partsOfTerm(arg)
-	}
-	for _, a := range t.Levels {
-		n += partsOfLevel(a)
-	}
-	return n
-}
-
-func partsOfLevel(l api.Level) int {
-	n := 1
-	for _, arg := range l.Args {
-		n += partsOfLevel(arg)
-	}
-	return n
 }
 
 func (l *literal) whnf(t api.Term) api.Term {
@@ -135,7 +117,7 @@ func (l *literal) hypotheses(d api.Decl, typ, again api.Term, params []api.Term,
 
 func hypothesisOf(typ, again, a api.Term, p int) api.Term {
 	if typ.Kind == api.Pi {
-		a = term.Apply(term.Lift(a, 1, 0), []api.Term{variable(0)})
+		a = term.Apply(term.Lift(a, 1, 0), []api.Term{tree.Variable(0)})
 		return api.Term{Kind: api.Lam, Args: []api.Term{typ.Args[0], hypothesisOf(typ.Args[1], term.Lift(again, 1, 0), a, p)}}
 	}
 	_, as := term.Spine(typ)
@@ -246,7 +228,7 @@ func (r maker) term(size int) api.Term {
 	case 11:
 		return r.built(size)
 	case 12:
-		return api.Term{Kind: api.Lam, Args: []api.Term{r.term(size / 4), term.Apply(r.under().term(size/2), []api.Term{variable(0)})}}
+		return api.Term{Kind: api.Lam, Args: []api.Term{r.term(size / 4), term.Apply(r.under().term(size/2), []api.Term{tree.Variable(0)})}}
 	}
 	return term.Apply(r.term(size/3), r.several(1+r.Intn(2), size/2))
 }
@@ -258,7 +240,7 @@ func (r maker) leaf() api.Term {
 	case 1:
 		return r.constant("n", "f", "P", "zero", "succ", "unknown", "Nat", "W.rec", "one", "two", "add", "cons")
 	}
-	return variable(r.Intn(r.free))
+	return tree.Variable(r.Intn(r.free))
 }
 
 // under is a maker for what stands under one more binder.
@@ -291,7 +273,7 @@ func (r maker) of(family string, size int) api.Term {
 		return r.term(size)
 	}
 	if r.Intn(6) == 0 {
-		return api.Term{Kind: api.Let, Args: []api.Term{variable(0), r.of(family, size/2), variable(0)}}
+		return api.Term{Kind: api.Let, Args: []api.Term{tree.Variable(0), r.of(family, size/2), tree.Variable(0)}}
 	}
 	switch family {
 	case "Nat":
@@ -312,7 +294,7 @@ func (r maker) of(family string, size int) api.Term {
 		}
 		return term.Apply(r.constant("vcons"), append(r.several(3, size/2), r.of("Vec", size/2)))
 	case "W":
-		return term.Apply(r.constant("sup"), append(r.several(3, size/2), api.Term{Kind: api.Lam, Args: []api.Term{variable(0), r.under().of("W", size/2)}}))
+		return term.Apply(r.constant("sup"), append(r.several(3, size/2), api.Term{Kind: api.Lam, Args: []api.Term{tree.Variable(0), r.under().of("W", size/2)}}))
 	}
 	return r.term(size)
 }
@@ -376,11 +358,11 @@ func (r maker) expanded(t api.Term) api.Term {
 	}
 	switch r.Intn(4) {
 	case 0:
-		return api.Term{Kind: api.Let, Args: []api.Term{variable(0), r.leaf(), term.Lift(t, 1, 0)}}
+		return api.Term{Kind: api.Let, Args: []api.Term{tree.Variable(0), r.leaf(), term.Lift(t, 1, 0)}}
 	case 1:
-		return term.Apply(api.Term{Kind: api.Lam, Args: []api.Term{r.leaf(), variable(0)}}, []api.Term{t})
+		return term.Apply(api.Term{Kind: api.Lam, Args: []api.Term{r.leaf(), tree.Variable(0)}}, []api.Term{t})
 	case 2:
-		return api.Term{Kind: api.Lam, Args: []api.Term{r.leaf(), term.Apply(term.Lift(t, 1, 0), []api.Term{variable(0)})}}
+		return api.Term{Kind: api.Lam, Args: []api.Term{r.leaf(), term.Apply(term.Lift(t, 1, 0), []api.Term{tree.Variable(0)})}}
 	}
 	return t
 }
@@ -443,7 +425,7 @@ func TestLevelingIsSubst(t *testing.T) {
 		h := g.with([]string{"v", "u"}, second)
 		want := level.Subst(l, []string{"v", "u"}, []api.Level{level.Subst(second[0], names, first), level.Subst(second[1], names, first)})
 		got, parts := h.putAll([]api.Level{l})
-		if level.Print(got[0]) != level.Print(want) || parts[0] != partsOfLevel(want) {
+		if level.Print(got[0]) != level.Print(want) || parts[0] != tree.Parts(&api.Term{Levels: []api.Level{want}})-1 {
 			t.Fatalf("%s of %d parts, want %s", level.Print(got[0]), parts[0], level.Print(want))
 		}
 	}

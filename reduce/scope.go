@@ -1,6 +1,9 @@
 package reduce
 
-import "provekernel/api"
+import (
+	"provekernel/api"
+	"provekernel/tree"
+)
 
 // closure is a term together with what its variables and its levels' parameters stand for: the term that comes of putting
 // these in. It puts substitution off until the term is told, so that a step need not copy what it puts in.
@@ -45,7 +48,7 @@ func (s *scope) find(n int) *thunk {
 
 // outside is a variable that stands for itself.
 func outside(n int) *thunk {
-	t := variable(n)
+	t := tree.Variable(n)
 	return &thunk{closure: closure{term: &t}}
 }
 

@@ -21,7 +21,7 @@ func Lift(t api.Term, n, from int) api.Term {
 			if free >= from {
 				free += n
 			}
-			return variable(free + binders)
+			return tree.Variable(free + binders)
 		},
 		level: copiedLevel,
 	}
@@ -35,7 +35,7 @@ func Subst(t, v api.Term) api.Term {
 			if free == 0 {
 				return Lift(v, binders, 0)
 			}
-			return variable(free - 1 + binders)
+			return tree.Variable(free - 1 + binders)
 		},
 		level: copiedLevel,
 	}
@@ -45,7 +45,7 @@ func Subst(t, v api.Term) api.Term {
 // Levels puts levels in the place of parameters, as level.Subst does, in all levels of a term.
 func Levels(t api.Term, params []string, ls []api.Level) api.Term {
 	c := change{
-		free: func(free, binders int) api.Term { return variable(free + binders) },
+		free: func(free, binders int) api.Term { return tree.Variable(free + binders) },
 		level: func(l api.Level) api.Level {
 			return level.Subst(l, params, ls)
 		},
@@ -58,13 +58,11 @@ func copied(t api.Term) api.Term { return Lift(t, 0, 0) }
 
 func copiedLevel(l api.Level) api.Level { return level.Subst(l, nil, nil) }
 
-func variable(n int) api.Term { return api.Term{Kind: api.Var, N: n} }
-
 // under makes what stands under that many of the term's binders.
 func (c change) under(t api.Term, binders int) api.Term {
 	if t.Kind == api.Var {
 		if t.N < binders {
-			return variable(t.N)
+			return tree.Variable(t.N)
 		}
 		return c.free(t.N-binders, binders)
 	}

@@ -7,6 +7,7 @@ import (
 
 	"provekernel/api"
 	"provekernel/level"
+	"provekernel/tree"
 )
 
 func TestLift(t *testing.T) {
@@ -86,7 +87,7 @@ func TestLiftAndSubstByLaws(t *testing.T) {
 			{"Lift above and below", Lift(Lift(made, n, from), m, 0), Lift(Lift(made, m, 0), n, from+m)},
 			{"Subst of what is not there", Subst(Lift(made, 1, 0), v), made},
 			{"Lift of Subst", Lift(Subst(made, v), n, from), Subst(Lift(made, n, from+1), Lift(v, n, from))},
-			{"Subst under a binder", Subst(node(api.Lam, variable(0), made), v), node(api.Lam, v, substUnder(made, v))},
+			{"Subst under a binder", Subst(node(api.Lam, tree.Variable(0), made), v), node(api.Lam, v, substUnder(made, v))},
 			{"Subst of Subst", Subst(Subst(made, v), w), Subst(substUnder(made, w), Subst(v, w))},
 		} {
 			if !Equal(law.a, law.b) {
@@ -98,7 +99,7 @@ func TestLiftAndSubstByLaws(t *testing.T) {
 
 // substUnder: Subst of the free variable 1, as it is under one binder, by a way that takes two variables' places.
 func substUnder(t, v api.Term) api.Term {
-	swapped := Subst(Subst(Lift(t, 2, 2), variable(2)), variable(0))
+	swapped := Subst(Subst(Lift(t, 2, 2), tree.Variable(2)), tree.Variable(0))
 	return Subst(swapped, Lift(v, 1, 0))
 }
 
@@ -157,7 +158,7 @@ func TestAnswersAreNewMemory(t *testing.T) {
 		{"Lift", func(a, b api.Term) []api.Term { return []api.Term{Lift(a, 1, 0), Lift(b, 0, 5)} }},
 		{"Subst", func(a, b api.Term) []api.Term { return []api.Term{Subst(a, b)} }},
 		{"Subst of what is not there", func(a, b api.Term) []api.Term { return []api.Term{Subst(b, a)} }},
-		{"Subst whole", func(a, b api.Term) []api.Term { return []api.Term{Subst(variable(0), b)} }},
+		{"Subst whole", func(a, b api.Term) []api.Term { return []api.Term{Subst(tree.Variable(0), b)} }},
 		{"Levels", func(a, b api.Term) []api.Term {
 			return []api.Term{Levels(a, []string{"u"}, []api.Level{level1}), Levels(b, nil, nil)}
 		}},

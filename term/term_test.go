@@ -8,6 +8,7 @@ import (
 	"testing"
 
 	"provekernel/api"
+	"provekernel/tree"
 )
 
 var (
@@ -45,16 +46,16 @@ func allParsed(t *testing.T, texts ...string) []api.Term {
 }
 
 func TestParseMakesTrees(t *testing.T) {
-	x, y, z := variable(0), variable(1), variable(2)
+	x, y, z := tree.Variable(0), tree.Variable(1), tree.Variable(2)
 	name := strings.Repeat("n", 40)
 	for _, c := range []struct {
 		text string
 		want api.Term
 	}{
 		{"#0", x},
-		{"#7", variable(7)},
-		{"#10", variable(10)},
-		{"#99999", variable(99999)},
+		{"#7", tree.Variable(7)},
+		{"#10", tree.Variable(10)},
+		{"#99999", tree.Variable(99999)},
 		{" \t\n#1\n", y},
 		{"(sort 0)", sort(zero)},
 		{"(sort u)", sort(u)},
@@ -223,7 +224,7 @@ func TestPrint(t *testing.T) {
 			t.Errorf("%q is printed as %q, want %q", c.text, got, c.want)
 		}
 	}
-	if got := Print(variable(100000)); got != "#100000" {
+	if got := Print(tree.Variable(100000)); got != "#100000" {
 		t.Errorf("what no text can say is printed as %q", got)
 	}
 }
@@ -436,14 +437,14 @@ func deepTerms() []api.Term {
 	var made []api.Term
 	for kind, parts := range []int{api.App: 2, api.Lam: 2, api.Pi: 2, api.Let: 3} {
 		for i := range parts {
-			made = append(made, chain(kind, parts, i, 20000/parts-1, variable(3)))
+			made = append(made, chain(kind, parts, i, 20000/parts-1, tree.Variable(3)))
 		}
 	}
 	l := u
 	for range 19900 {
 		l = succ(l)
 	}
-	full := variable(1)
+	full := tree.Variable(1)
 	for range 13 {
 		full = node(api.Pi, full, full)
 	}
@@ -463,7 +464,7 @@ func TestDeepTerms(t *testing.T) {
 		if !Equal(Lift(Lift(made, 2, 0), -2, 0), made) {
 			t.Errorf("%.60s: Lift there and back is another term", text)
 		}
-		if !Equal(Subst(Lift(made, 1, 0), variable(0)), made) {
+		if !Equal(Subst(Lift(made, 1, 0), tree.Variable(0)), made) {
 			t.Errorf("%.60s: Subst where nothing is put in makes another term", text)
 		}
 		f, as := Spine(made)

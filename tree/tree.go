@@ -22,6 +22,9 @@ func Is(t *api.Term, kind int) bool {
 	return t.Kind == kind && len(t.Args) == partCounts[kind] && (kind == api.Const || len(t.Levels) == levelCounts[kind])
 }
 
+// Variable is the one of that number.
+func Variable(n int) api.Term { return api.Term{Kind: api.Var, N: n} }
+
 // Binders tells how many variables a term binds in its part i.
 func Binders(t *api.Term, i int) int {
 	switch t.Kind {
@@ -55,4 +58,24 @@ func Same(a, b *api.Term) bool {
 // SameLevel tells whether two levels are the same, as they are written.
 func SameLevel(a, b api.Level) bool {
 	return a.Kind == b.Kind && a.Name == b.Name && slices.EqualFunc(a.Args, b.Args, SameLevel)
+}
+
+// Parts tells how many parts a term has: its nodes and those of its levels.
+func Parts(t *api.Term) int {
+	n := 1
+	for i := range t.Args {
+		n += Parts(&t.Args[i])
+	}
+	for i := range t.Levels {
+		n += levelParts(&t.Levels[i])
+	}
+	return n
+}
+
+func levelParts(l *api.Level) int {
+	n := 1
+	for i := range l.Args {
+		n += levelParts(&l.Args[i])
+	}
+	return n
 }

@@ -90,3 +90,21 @@ func TestSame(t *testing.T) {
 		t.Errorf("SameLevel")
 	}
 }
+
+func TestVariable(t *testing.T) {
+	for _, n := range []int{0, 1, 99999} {
+		made := Variable(n)
+		if !Is(&made, api.Var) || made.N != n {
+			t.Errorf("Variable(%d) = %v", n, made)
+		}
+	}
+}
+
+func TestParts(t *testing.T) {
+	for i, want := range []int{1, 2, 4, 3, 6, 6, 10} {
+		made := all()[i]
+		if got := Parts(&made); got != want {
+			t.Errorf("term %d has %d parts, want %d", i, got, want)
+		}
+	}
+}
