@@ -52,11 +52,20 @@ func formOf(d api.Decl) *family {
 }
 
 // alwaysZero tells whether a level is worth 0, whatever its parameters are.
-func alwaysZero(l api.Level) bool { return level.Leq(l, api.Level{}) }
+func alwaysZero(l api.Level) bool { return leq(l, api.Level{}) }
 
 // neverZero tells whether a level is worth more than 0, whatever its parameters are.
 func neverZero(l api.Level) bool {
-	return level.Leq(api.Level{Kind: api.Succ, Args: []api.Level{{}}}, l)
+	return leq(api.Level{Kind: api.Succ, Args: []api.Level{{}}}, l)
+}
+
+// leq tells whether a level is worth at most what another one is. FTired: they have too many parameters, as only the types of
+// an environment that is not right can have.
+func leq(a, b api.Level) bool {
+	if !level.Comparable(a, b) {
+		fault.Throw(api.FTired)
+	}
+	return level.Leq(a, b)
 }
 
 // ctor looks a constructor over.
@@ -142,7 +151,7 @@ func (f *family) lookArgs(c ctor, sorts []api.Level) {
 		if f.standsIn(typ) && !f.isRecursive(typ, i) {
 			fault.Throw(api.FPos)
 		}
-		if !f.proofs && !level.Leq(sorts[i], f.level) {
+		if !f.proofs && !leq(sorts[i], f.level) {
 			fault.Throw(api.FLevel)
 		}
 	}

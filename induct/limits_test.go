@@ -208,6 +208,31 @@ func TestWhateverThereIs(t *testing.T) {
 	}
 }
 
+// An environment that is not right may hold levels with any number of parameters, all of which would have to be tried: Decl ends.
+func TestManyLevelParameters(t *testing.T) {
+	zeros := func(n int) string {
+		l := "0"
+		for i := range n {
+			l = "(imax p" + strconv.Itoa(i) + " " + l + ")"
+		}
+		return "(sort " + l + ")"
+	}
+	for n, want := range map[int]string{6: right, 60: "FTired"} {
+		e := world(t)
+		for _, d := range declared(t, "(axiom x () "+zeros(n)+") (axiom y () (pi (const Nat) "+zeros(n)+"))") {
+			e.Put(d, nil, api.Term{})
+		}
+		for _, fuel := range []int{0, 100000} {
+			tellsAll(t, e, fuel, []pair{
+				{of(set, "(pi (const x) (const A))"), want},
+				{of(prop, "(pi (const x) (const A))"), want},
+				{of(set, "(pi (app (const y) (const zero)) (const A))"), want},
+				{of("(pi (const x) (sort (s 0)))"), right},
+			})
+		}
+	}
+}
+
 // What no well-formed tree is makes no call panic, either.
 func TestTreesThatCannotBe(t *testing.T) {
 	e := world(t)

@@ -28,6 +28,16 @@ func Same(a, b api.Level) bool {
 	return always(a, b, func(x, y int) bool { return x == y })
 }
 
+// mostParams: how many parameters two levels may have together that layers above hold against each other. Two declarations
+// that are right have six at most, each.
+const mostParams = 12
+
+// Comparable tells whether two levels have so few parameters that Leq and Same of them can be waited for: what these try
+// doubles with each one, and an environment that was filled without a look may hold levels with any number.
+func Comparable(a, b api.Level) bool {
+	return len(Params(api.Level{Kind: api.Max, Args: []api.Level{a, b}})) <= mostParams
+}
+
 func worth(l api.Level, number func(name string) int) int {
 	switch l.Kind {
 	case api.Succ:

@@ -2,6 +2,7 @@ package level
 
 import (
 	"math/rand"
+	"strconv"
 	"strings"
 	"testing"
 
@@ -262,6 +263,31 @@ func TestLargestLevels(t *testing.T) {
 		checkOrder(t, succ(a), a, false, true)
 		for _, b := range ls {
 			checkOrder(t, a, greater(b, a), true, Leq(b, a))
+		}
+	}
+}
+
+// What the layers above may ask: levels of six parameters each, and not of any number.
+func TestComparable(t *testing.T) {
+	of := func(from, n int) api.Level {
+		l := zero
+		for i := range n {
+			l = api.Level{Kind: api.IMax, Args: []api.Level{param("p" + strconv.Itoa(from+i)), l}}
+		}
+		return l
+	}
+	for _, c := range []struct {
+		a, b api.Level
+		want bool
+	}{
+		{zero, zero, true}, {of(0, 6), of(0, 6), true}, {of(0, 6), of(6, 6), true}, {of(0, 12), of(6, 6), true}, {of(0, 12), zero, true},
+		{of(0, 13), zero, false}, {zero, of(0, 13), false}, {of(0, 7), of(7, 6), false}, {of(0, 60), of(0, 60), false},
+	} {
+		if got := Comparable(c.a, c.b); got != c.want {
+			t.Errorf("Comparable(%s, %s) = %v", Print(c.a), Print(c.b), got)
+		}
+		if c.want && !Leq(c.a, c.b) {
+			t.Errorf("%s is not Leq %s", Print(c.a), Print(c.b))
 		}
 	}
 }
