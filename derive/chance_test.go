@@ -235,38 +235,55 @@ func TestTermsByChance(t *testing.T) {
 	}
 }
 
-// What the chapters' words form by chance: lifted, and with a term put in, it is what term makes of it; so is what is known of it.
+// What the chapters' words form by chance: lifted, and with a term put in, it is what term makes of it, as a node and as a type;
+// so is what is known of it. The same one is made once.
 func TestChangesByChance(t *testing.T) {
 	for seed := range int64(3000) {
 		r := newChance(seed)
-		m := &maker{}
+		y := newTypist(newOutline(1<<30), nil, 0)
 		made, put := r.open(6), r.open(3)
 		n := r.Intn(4)
-		read, value := m.read(&made), m.read(&put)
+		value := y.read(&put)
+		lifted := func(t *node, n int) *node { return (&change{maker: &y.maker, up: n}).under(t, 0) }
+		let := joined(api.Let, put, put, made)
+		filled := y.unfolded(y.read(&let))
+		whole := y.measured(made)
 		for _, c := range []struct {
 			what string
 			got  *node
 			want api.Term
 		}{
-			{"itself", read, made},
-			{"lifted", m.lifted(read, n), term.Lift(made, n, 0)},
-			{"filled", m.filled(read, value), term.Subst(made, put)},
-			{"filled again", m.filled(read, value), term.Subst(made, put)},
-			{"lifted, filled", m.filled(m.lifted(read, 1), value), made},
-			{"twice lifted", m.lifted(m.lifted(read, n), 2), term.Lift(made, n+2, 0)},
+			{"itself", y.read(&made), made},
+			{"lifted", lifted(y.read(&made), n), term.Lift(made, n, 0)},
+			{"filled", filled, term.Subst(made, put)},
+			{"filled again", y.unfolded(y.read(&let)), term.Subst(made, put)},
+			{"twice lifted", lifted(lifted(y.read(&made), n), 2), term.Lift(made, n+2, 0)},
 		} {
-			free := 0
-			for !term.Closed(c.want, free) {
-				free++
-			}
-			again := m.read(&c.want)
-			if !tree.Same(&c.got.Term, &c.want) || c.got.size != tree.Parts(&c.want) || c.got.free != free || c.got.mark != again.mark || !m.same(c.got, again) {
-				t.Errorf("%s of %s, %s: %s, of %d parts, free %d; want %s", c.what, term.Print(made), term.Print(put), term.Print(c.got.Term), c.got.size, c.got.free, term.Print(c.want))
+			isKnown(t, c.what, c.got.Term, c.got.size, c.got.free, c.want)
+			if y.read(&c.want) != c.got {
+				t.Errorf("%s of %s, %s is made twice", c.what, term.Print(made), term.Print(put))
 			}
 		}
-		if got := m.same(read, value); got != tree.Same(&made, &put) {
-			t.Errorf("the same, %s and %s: %v", term.Print(made), term.Print(put), got)
+		isKnown(t, "measured", whole.Term, whole.size, whole.free, made)
+		got := y.applied(&typ{Term: joined(api.Pi, put, made)}, value)
+		isKnown(t, "applied", got.Term, got.size, got.free, term.Subst(made, put))
+		y.contexts = append(y.contexts, context{typ: y.read(&made).number, count: 1}, context{outer: 1, count: 2})
+		for i, context := range []int32{1, 2} {
+			got = y.variableType(context, i)
+			isKnown(t, "a variable's type", got.Term, got.size, got.free, term.Lift(made, i+1, 0))
 		}
+	}
+}
+
+// isKnown: a term that has been made, how many parts it has, its free variables.
+func isKnown(t *testing.T, what string, got api.Term, size, free int, want api.Term) {
+	t.Helper()
+	wantFree := 0
+	for !term.Closed(want, wantFree) {
+		wantFree++
+	}
+	if !tree.Same(&got, &want) || size != tree.Parts(&want) || free != wantFree {
+		t.Errorf("%s: %s, of %d parts, free %d; want %s", what, term.Print(got), size, free, term.Print(want))
 	}
 }
 

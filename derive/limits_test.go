@@ -137,11 +137,6 @@ func TestTermsThatGrow(t *testing.T) {
 	e := world(t)
 	v, nat, zero := tree.Variable, named("Nat"), named("zero")
 	double := sort(succ(succ(api.Level{})))
-	functions := func(n int, value api.Term) api.Term {
-		return nested(n, value, func(x api.Term) api.Term {
-			return joined(api.Let, nat, x, spine(named("both2"), joined(api.Lam, nat, v(1)), joined(api.Lam, named("Bool"), v(1))))
-		})
-	}
 	for _, c := range []large{
 		{"a value that has doubled often", doubled(80, v(0))},
 		{"a type with such a value", doubled(80, spine(named("p"), v(0)))},
@@ -154,8 +149,6 @@ func TestTermsThatGrow(t *testing.T) {
 		{"very many functions", within(40000, api.Lam, zero, nat)},
 		{"very many lets", within(40000, api.Let, zero, nat, zero)},
 		{"far more functions", within(300000, api.Lam, zero, nat)},
-		{"lets that ask for ever more contexts", functions(60, zero)},
-		{"such lets, in a great context", within(3000, api.Lam, functions(100, v(2999)), nat)},
 	} {
 		ss, err := Of(e, nil, c.made, 1000)
 		if got := said(err); got != right && got != "FTired" || (ss == nil) != (err != nil) {
@@ -165,6 +158,38 @@ func TestTermsThatGrow(t *testing.T) {
 	wrong := joined(api.Lam, v(0), nested(80, nat, func(x api.Term) api.Term { return joined(api.Pi, x, x) }))
 	if _, err := Of(e, nil, wrong, 1000); said(err) != "FVar" {
 		t.Errorf("what is wrong ahead of what is too large: %s", said(err))
+	}
+}
+
+// functions are lets, one within another, each of whose values stands under two binders of different types: there are twice as
+// many contexts for each let.
+func functions(n int, value api.Term) api.Term {
+	return nested(n, value, func(x api.Term) api.Term {
+		return joined(api.Let, named("Nat"), x, spine(named("both2"), joined(api.Lam, named("Nat"), tree.Variable(1)), joined(api.Lam, named("Bool"), tree.Variable(1))))
+	})
+}
+
+// What would take up more than there may be is given up, while little of it is there. (Here there may be less than Of has.)
+func TestDerivationsThatAreTooLarge(t *testing.T) {
+	e := world(t)
+	for _, c := range []large{
+		{"lets that ask for ever more contexts", functions(60, named("zero"))},
+		{"such lets, in a great context", within(3000, api.Lam, functions(100, tree.Variable(2999)), named("Nat"))},
+	} {
+		if _, err := check.Infer(e, nil, nil, c.made, 1000); err != nil {
+			t.Errorf("%s: check.Infer: %s", c.what, said(err))
+		}
+		ss, err := derived(e, c.made, 1000, 1<<28)
+		if ss != nil || said(err) != "FTired" {
+			t.Errorf("%s: %s, with %d steps", c.what, said(err), len(ss))
+		}
+	}
+	made := functions(10, named("zero")) // asks for some 15000 steps
+	if ss, err := derived(e, made, 1000, 15000*stepBytes); ss != nil || said(err) != "FTired" {
+		t.Errorf("ten lets, in too little room: %s, with %d steps", said(err), len(ss))
+	}
+	if ss, err := derived(e, made, 1000, 30000*stepBytes); said(err) != right || len(ss) < 15000 {
+		t.Errorf("ten lets: %s, with %d steps", said(err), len(ss))
 	}
 }
 
@@ -187,9 +212,7 @@ func TestLetsUnderBinders(t *testing.T) {
 		})}, 100000},
 		{large{"one context for each let, twice", twice(named("n"))}, 30000},
 		{large{"one context for each let, twice, under a function", joined(api.Lam, nat, twice(v(0)))}, 30000},
-		{large{"twice as many contexts for each let", nested(9, named("zero"), func(x api.Term) api.Term {
-			return joined(api.Let, nat, x, spine(named("both2"), joined(api.Lam, nat, v(1)), joined(api.Lam, named("Bool"), v(1))))
-		})}, 20000},
+		{large{"twice as many contexts for each let", functions(9, named("zero"))}, 20000},
 	} {
 		ss, got := l.of(t, c.made, 100)
 		if got != right || len(ss) > c.most {

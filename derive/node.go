@@ -1,106 +1,172 @@
 package derive
 
 import (
+	"strconv"
+
 	"provekernel/api"
+	"provekernel/fault"
+	"provekernel/level"
 	"provekernel/tree"
 )
 
-// node is a term, and what is asked of it over and over. The term is never changed, so that terms can share their parts.
+// node is a term that is derived, or a part of one. The same one is made once: so terms share their parts, and are known by
+// their numbers. It is never changed.
 type node struct {
 	api.Term
-	parts   [3]*node // of Args
-	level   *rank    // of a sort
-	size    int      // how many parts it has: its nodes and those of its levels
-	free    int      // one more than the greatest number of its free variables; 0: it has none
-	mark    uint64   // that of all terms that are the same, and of hardly any other
-	lowered *node    // it with its free variables down by one, once that has been asked for
+	parts  [3]*node // of Args
+	number int32
+	size   int   // how many parts it has: its nodes and those of its levels
+	free   int   // one more than the greatest number of its free variables; 0: it has none
+	filled *node // of a let: its body with its value, once that has been asked for
 }
 
-// rank is a level, likewise.
-type rank struct {
-	api.Level
-	size int
-	mark uint64
+// key of a term that has parts: its kind, their numbers.
+type key struct {
+	kind  int
+	parts [3]int32
 }
 
-// variable is the one of that number. It is made once.
+// maker makes nodes.
+type maker struct {
+	budget
+	nodes     []*node          // by number
+	variables map[int]int32    // by the variable's number
+	leaves    map[string]int32 // sorts and constants, by their text
+	compounds map[key]int32
+}
+
+func newMaker(bytes int) maker {
+	return maker{budget: budget{bytes: bytes}, variables: map[int]int32{}, leaves: map[string]int32{}, compounds: map[key]int32{}}
+}
+
+// add is a new node.
+func (m *maker) add(n *node) int32 {
+	fits(n.size)
+	m.take(nodeBytes + termBytes*len(n.Args))
+	n.number = int32(len(m.nodes))
+	m.nodes = append(m.nodes, n)
+	return n.number
+}
+
+// once is the node that is known by a key, or else is made and known by it from now on.
+func once[K comparable](m *maker, known map[K]int32, k K, make func() *node) *node {
+	number, ok := known[k]
+	if !ok {
+		number = m.add(make())
+		known[k] = number
+	}
+	return m.nodes[number]
+}
+
+// variable is the one of that number.
 func (m *maker) variable(n int) *node {
-	if n < 0 || n > tree.MostParts {
-		return m.newVariable(n)
-	}
-	for len(m.variables) <= n {
-		m.variables = append(m.variables, m.newVariable(len(m.variables)))
-	}
-	return m.variables[n]
+	return once(m, m.variables, n, func() *node { return &node{Term: tree.Variable(n), size: 1, free: max(n+1, 0)} })
 }
 
-func (m *maker) newVariable(n int) *node {
-	m.room(1)
-	return &node{Term: tree.Variable(n), size: 1, free: max(n+1, 0), mark: mixed(api.Var, uint64(n))}
-}
-
-// sort is the one of a level.
-func (m *maker) sort(l *rank) *node {
-	m.room(1)
-	fits(1 + l.size)
-	return &node{Term: api.Term{Kind: api.Sort, Levels: []api.Level{l.Level}}, level: l, size: 1 + l.size, mark: mixed(api.Sort, l.mark)}
-}
-
-// constant is the one of a name, with levels.
-func (m *maker) constant(name string, ls ...*rank) *node {
-	m.room(1)
-	made := &node{Term: api.Term{Kind: api.Const, Name: name}, size: 1, mark: mixed(api.Const, textMark(name))}
-	for _, l := range ls {
-		made.Levels = append(made.Levels, l.Level)
-		made.size += l.size
-		made.mark = mixed(made.mark, l.mark)
+// leaf is a sort or a constant. Its levels are copied: what is handed over is not kept.
+func (m *maker) leaf(t *api.Term) *node {
+	text := []byte(strconv.Itoa(t.Kind) + t.Name)
+	for _, l := range t.Levels {
+		text = append(append(text, ' '), level.Print(l)...)
 	}
-	fits(made.size)
-	return made
+	return once(m, m.leaves, string(text), func() *node {
+		made := &node{Term: api.Term{Kind: t.Kind, Name: t.Name}, size: tree.Parts(t)}
+		for _, l := range t.Levels {
+			made.Levels = append(made.Levels, level.Subst(l, nil, nil))
+		}
+		return made
+	})
 }
 
 // compound is the term of that kind with these parts.
 func (m *maker) compound(kind int, parts ...*node) *node {
-	m.room(1)
-	made := &node{Term: api.Term{Kind: kind, Args: make([]api.Term, len(parts))}, size: 1, mark: mixed(uint64(kind))}
-	copy(made.parts[:], parts)
+	k := key{kind: kind}
 	for i, part := range parts {
-		made.Args[i] = part.Term
-		made.size += part.size
-		made.free = max(made.free, part.free-tree.Binders(&made.Term, i))
-		made.mark = mixed(made.mark, part.mark)
+		k.parts[i] = part.number
 	}
-	fits(made.size)
-	return made
+	return once(m, m.compounds, k, func() *node {
+		made := &node{Term: api.Term{Kind: kind, Args: make([]api.Term, len(parts))}, size: 1}
+		copy(made.parts[:], parts)
+		for i, part := range parts {
+			made.Args[i] = part.Term
+			made.size += part.size
+			made.free = max(made.free, part.free-tree.Binders(&made.Term, i))
+		}
+		return made
+	})
 }
 
-// rank is the level of that kind with these parts.
-func (m *maker) rank(kind int, name string, parts ...*rank) *rank {
-	m.room(1)
-	made := &rank{Level: api.Level{Kind: kind, Name: name}, size: 1, mark: mixed(uint64(kind), textMark(name))}
-	for _, part := range parts {
-		made.Args = append(made.Args, part.Level)
-		made.size += part.size
-		made.mark = mixed(made.mark, part.mark)
+// read is a term that is handed over, without a list of its.
+func (m *maker) read(t *api.Term) *node {
+	m.work(1)
+	switch {
+	case tree.Is(t, api.Var):
+		return m.variable(t.N)
+	case tree.Is(t, api.Sort), tree.Is(t, api.Const):
+		return m.leaf(t)
+	case tree.Is(t, api.App), tree.Is(t, api.Lam), tree.Is(t, api.Pi), tree.Is(t, api.Let):
+		var parts [3]*node
+		for i := range t.Args {
+			parts[i] = m.read(&t.Args[i])
+		}
+		return m.compound(t.Kind, parts[:len(t.Args)]...)
 	}
-	fits(made.size)
-	return made
+	fault.Throw(api.FText) // it is no term: nothing is said of it
+	return nil
 }
 
-// mixed is a mark that hangs on all of these, and on their order.
-func mixed(marks ...uint64) uint64 {
-	made := uint64(14695981039346656037)
-	for _, mark := range marks {
-		made = (made ^ mark) * 1099511628211
-		made ^= made >> 32
+// unfolded is the body of a let with its value put in. It hangs on nothing else: it is made once for all contexts.
+func (m *maker) unfolded(let *node) *node {
+	if let.filled == nil {
+		c := change{maker: m, value: let.parts[1]}
+		let.filled = c.under(let.parts[2], 0)
 	}
-	return made
+	return let.filled
 }
 
-func textMark(text string) uint64 {
-	mark := mixed(uint64(len(text)))
-	for i := range len(text) {
-		mark = mixed(mark, uint64(text[i]))
+// change makes a term anew, with a value in the place of its free variable 0, and the other free ones down by one; without a
+// value: with its free ones up by some.
+type change struct {
+	*maker
+	value *node
+	up    int
+	size  int // how many parts have been made so far
+}
+
+// count counts parts of what is made: what has too many is given up before they are all there.
+func (c *change) count(parts int) {
+	c.size += parts
+	fits(c.size)
+}
+
+// under makes what stands under that many of the term's binders.
+func (c *change) under(t *node, binders int) *node {
+	c.work(1)
+	if t.free <= binders {
+		c.count(t.size)
+		return t
 	}
-	return mark
+	if t.Kind == api.Var {
+		put := c.put(t.N-binders, binders)
+		c.count(put.size)
+		return put
+	}
+	c.count(1)
+	var parts [3]*node
+	for i := range t.Args {
+		parts[i] = c.under(t.parts[i], binders+tree.Binders(&t.Term, i))
+	}
+	return c.compound(t.Kind, parts[:len(t.Args)]...)
+}
+
+// put is what stands in the place of a variable, that has that number outside the term.
+func (c *change) put(n, binders int) *node {
+	switch {
+	case c.value == nil:
+		return c.variable(n + c.up + binders)
+	case n > 0:
+		return c.variable(n - 1 + binders)
+	}
+	lifting := change{maker: c.maker, up: binders}
+	return lifting.under(c.value, 0)
 }
