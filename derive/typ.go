@@ -70,8 +70,10 @@ func (r *rewriting) under(t *api.Term, binders int) bool {
 
 // rewritten is a type with what put tells in the place of its free variables.
 func (y *typist) rewritten(t *api.Term, put func(n, binders int) (api.Term, int, int)) *typ {
-	r := rewriting{budget: &y.budget, list: y.list, put: put}
-	return y.known(r.made(t))
+	r := rewriting{budget: &y.budget, list: y.list, put: put, stack: y.stack}
+	made := r.made(t)
+	y.stack = r.stack[:0] // its room is used again: it grows with each deep type
+	return y.known(made)
 }
 
 // listsAtOnce: how many terms' room is made at once.

@@ -15,6 +15,7 @@ type typist struct {
 	fuel  int
 	types int32          // how many have been made
 	lists []api.Term     // room for lists of theirs
+	stack []api.Term     // room for what is made of one
 	found []*typ         // by step
 	terms map[int32]*typ // terms that stand in contexts, by their nodes' numbers
 	sorts map[int32]*typ // types of sorts, by their nodes' numbers
