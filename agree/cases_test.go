@@ -204,6 +204,8 @@ func TestLevels(t *testing.T) {
 		{"(axiom x (u) (sort (s u)))(def a (v) (sort (s (s (s v)))) (const id (s (s (s v)))))", "FArg"},
 		{"(def a (u v) (sort (max u v)) (const Any v u))", right}, {"(def a (u v) (sort (imax u v)) (const Any v u))", "FArg"}, {"(def a (u v) (sort (imax u (s v))) (const Any (s v) u))", right},
 		{"(def a " + six + " (sort (imax b (max c (imax d (s (max e (imax f a))))))) (const six b c d e f a))", right}, {"(def a " + six + " (sort (imax b (max c (imax d (s (max e (imax a f))))))) (const six b c d e f a))", "FArg"},
+		{"(def x (u v) (sort (s (imax u v))) (sort (imax u v)))(def y (v u) (sort (s (imax u v))) (sort (imax u v)))(def a (u v) (pi (const x u v) (const y v u)) (lam (const x u v) #0))", right},
+		{"(def x (u v) (sort (s (imax u v))) (sort (imax u v)))(def y (v u) (sort (s (imax u v))) (sort (imax u v)))(def a (u v) (pi (const x u v) (const y u v)) (lam (const x u v) #0))", "FArg"},
 		{"(def a (u) (pi (sort u) (sort u)) (lam (sort u) #0))", right}, {"(def a (u) (sort (imax (s u) u)) (pi (sort u) #0))", right}, {"(def a (u) (sort (s u)) (pi (sort u) #0))", "FArg"}, {"(def a (u) (sort 0) (pi (sort u) (pi #0 (app (const P) (const zero)))))", right},
 	})
 }

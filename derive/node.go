@@ -49,10 +49,10 @@ func (m *maker) add(n *node) int32 {
 }
 
 // once is the node that is known by a key, or else is made and known by it from now on.
-func once[K comparable](m *maker, known map[K]int32, k K, make func() *node) *node {
+func once[K comparable](m *maker, known map[K]int32, k K, create func() *node) *node {
 	number, ok := known[k]
 	if !ok {
-		number = m.add(make())
+		number = m.add(create())
 		known[k] = number
 	}
 	return m.nodes[number]

@@ -83,7 +83,7 @@ const listsAtOnce = 128
 func (y *typist) list(n int) []api.Term {
 	y.take(termBytes * n)
 	if len(y.lists) < n {
-		y.lists = make([]api.Term, listsAtOnce)
+		y.lists = make([]api.Term, max(n, listsAtOnce))
 	}
 	made := y.lists[:n:n]
 	y.lists = y.lists[n:]

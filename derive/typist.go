@@ -35,10 +35,10 @@ func newTypist(o *outline, e *reduce.Env, fuel int) *typist {
 }
 
 // typeOnce is what is known by a key, or else is made and known by it from now on.
-func typeOnce[K comparable](known map[K]*typ, k K, make func() *typ) *typ {
+func typeOnce[K comparable](known map[K]*typ, k K, create func() *typ) *typ {
 	found, ok := known[k]
 	if !ok {
-		found = make()
+		found = create()
 		known[k] = found
 	}
 	return found
@@ -94,11 +94,11 @@ func (y *typist) variableType(context int32, n int) *typ {
 
 // constantType is a constant's type with its levels.
 func (y *typist) constantType(t *node) *typ {
-	params, typ, ok := y.env.Type(t.Name)
+	params, whole, ok := y.env.Type(t.Name)
 	if !ok {
 		fault.Throw(api.FName)
 	}
-	made := y.measured(term.Levels(typ, params, t.Levels))
+	made := y.measured(term.Levels(whole, params, t.Levels))
 	y.take(made.size * termBytes)
 	return made
 }
@@ -160,7 +160,7 @@ func (y *typist) filled(t *typ, arg *node) *typ {
 // right: then the fault is told that check tells of such a type.
 func (y *typist) comesTo(t *typ, kind, code int) *typ {
 	form := y.whnf(t)
-	if form.Kind != kind {
+	if !tree.Is(&form.Term, kind) {
 		fault.Throw(code)
 	}
 	return form

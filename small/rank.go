@@ -46,6 +46,8 @@ func pointsOf(params int) int { return 1<<params + params<<params/2 }
 type rank struct {
 	worths []int
 	find   func() []int
+	level  *node // as it is written, if it is
+	in     *leveling
 }
 
 func (r *rank) found() []int {
@@ -68,7 +70,16 @@ func (r *rank) leq(other *rank) bool {
 
 // same tells whether two levels are worth the same, whatever the numbers.
 func (r *rank) same(other *rank) bool {
-	return r == other || slices.Equal(r.found(), other.found())
+	return r.isWritten(other) || slices.Equal(r.found(), other.found())
+}
+
+// isWritten tells whether a level is written as another one is, and its parameters stand for the very same: most that are held
+// against each other are, and nothing need be found of them.
+func (r *rank) isWritten(other *rank) bool {
+	if r == other || r.level == nil || r.level != other.level {
+		return r == other
+	}
+	return r.level.plain || slices.Equal(r.in.params, other.in.params) && slices.Equal(r.in.ranks, other.in.ranks)
 }
 
 // leveling: what the parameters of levels stand for.
@@ -82,7 +93,7 @@ func (l *looker) rank(level *node, g *leveling) *rank {
 	if i := slices.Index(g.params, level.name); level.kind == paramLevel && i >= 0 {
 		return g.ranks[i]
 	}
-	return &rank{find: func() []int { return l.worths(level, g) }}
+	return &rank{find: func() []int { return l.worths(level, g) }, level: level, in: g}
 }
 
 func (l *looker) ranks(levels []*node, g *leveling) []*rank {

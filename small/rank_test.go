@@ -134,6 +134,27 @@ func replaced(l api.Level, put []api.Level) api.Level {
 	return made
 }
 
+// Levels that are written the same: they are so where their parameters stand for the same, in whatever order these are told.
+func TestLevelsThatAreWrittenTheSame(t *testing.T) {
+	l := newLooker(newWorld(0), names[:2])
+	u, v := l.own.levels.ranks[0], l.own.levels.ranks[1]
+	param := func(name string) api.Level { return api.Level{Kind: api.Param, Name: name} }
+	level := api.Level{Kind: api.IMax, Args: []api.Level{param("u"), param("v")}}
+	in := func(params []string, ranks ...*rank) *rank { return l.rank(l.level(&level), &leveling{params, ranks}) }
+	forth, back := []string{"u", "v"}, []string{"v", "u"}
+	for _, c := range []struct {
+		a, b *rank
+		want bool
+	}{
+		{in(forth, u, v), in(forth, u, v), true}, {in(forth, u, v), in(back, v, u), true}, {in(forth, u, v), in(back, u, v), false}, {in(forth, u, v), in(forth, v, u), false}, {in(forth, u, u), in(back, u, u), true},
+		{in(forth, u, u), in(forth, u, l.ranked(param("u"))), true}, {in(forth, u, above(v)), in(forth, u, above(v)), true}, {in(forth, u, above(v)), in(forth, u, above(u)), false},
+	} {
+		if got := c.a.same(c.b); got != c.want || c.b.same(c.a) != c.want {
+			t.Errorf("%v and %v: %v", c.a.found(), c.b.found(), got)
+		}
+	}
+}
+
 // There are as many points as are told, and each parameter has a number at each.
 func TestPoints(t *testing.T) {
 	for params, want := range []int{1, 3, 8, 20, 48, 112, 256} {

@@ -42,10 +42,10 @@ func (f *family) given() int { return len(f.params) + 1 + len(f.ctors) }
 type shape struct {
 	*family
 	l      *looker
-	rank   *rank   // of the sort in which the motive makes types
-	ranks  []*rank // of the family
-	inside *env    // in which the parameters stand
-	stand  []*thunk
+	rank   *rank    // of the sort in which the motive makes types
+	ranks  []*rank  // of the family
+	inside *env     // in which the parameters stand
+	stand  []*thunk // what these stand for
 	motive *thunk
 }
 
@@ -63,9 +63,9 @@ func (f *family) recursorType(l *looker, ranks []*rank) *thunk {
 func (s shape) behindParams(e *env, params []*thunk) value {
 	s.inside, s.stand = e, params
 	return bindProduct(s.motiveType(), func(motive *thunk) value {
-		s := s // a product can be asked more than once what stands behind it
-		s.motive = motive
-		return s.behindMinors(0)
+		inner := s // another one each time that the product is asked what stands behind it
+		inner.motive = motive
+		return inner.behindMinors(0)
 	})
 }
 
