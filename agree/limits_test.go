@@ -17,11 +17,18 @@ func TestFuelThatIsJustEnough(t *testing.T) {
 	const slow = `(def slow () (pi (const Nat) (const Type)) (lam (const Nat) (app (app (app (app (const Nat.rec (s (s 0))) (lam (const Nat) (const Type))) (sort 0)) (lam (const Nat) (lam (const Type) #0))) #0)))
 (axiom h () (pi (const Nat) (app (const slow) #0)))`
 	const deep = `(def deep () (pi (const Nat) (const Nat)) (lam (const Nat) (app (app (app (app (const Nat.rec (s 0)) (lam (const Nat) (const Nat))) (const zero)) (lam (const Nat) (lam (const Nat) (app (app (app (app (const Nat.rec (s 0)) (lam (const Nat) (const Nat))) (const zero)) (lam (const Nat) (lam (const Nat) (app (const succ) #1)))) #0)))) #0)))`
+	// A function whose type comes to a product by many steps, again and again, and that is used often.
+	often := "(def slower () (pi (const Nat) (pi (const Type) (const Type))) (lam (const Nat) (lam (const Type) (app (app (app (app (const Nat.rec (s (s 0))) (lam (const Nat) (const Type))) #0) (lam (const Nat) (lam (const Type) #0))) #1))))" +
+		"(axiom Q () (pi (const Nat) (sort (s 0))))(axiom R () (pi (const Nat) (pi (app (const Q) #0) (const Nat))))(axiom G () (pi (const Nat) " + repeated(30, "(app (app (const slower) "+num(100)+") (pi (const Nat) ", "(app (const Q) #30)", "))") + "))" +
+		"(def x () (pi (const Nat) (const Nat)) (lam (const Nat) (let (pi (const Nat) (app (const Q) #0)) (lam (const Nat) " + repeated(30, "(app ", "(app (const G) #0)", " (const zero))") + ") " +
+		counted(60, func(i int) string {
+			return numbered("(let (const Nat) (app (app (const R) (app (const succ) #%+)) (app #% (app (const succ) #%+))) ", i)
+		}) + "#0" + strings.Repeat(")", 62) + ")"
 	eq := func(x, y string) string {
 		return "(def e () " + app("(const Eq (s 0))", "(const Nat)", x, y) + " " + app("(const refl (s 0))", "(const Nat)", x) + ")"
 	}
 	for _, more := range []string{
-		"(axiom x () (const N))", "(axiom x () (app (const Arr) (const two)))", "(axiom x () (app (const h) (const two)))", "(axiom x () (app (const h) " + num(100) + "))", "(axiom x () (app (const h) " + num(9000) + "))",
+		often, "(axiom x () (const N))", "(axiom x () (app (const Arr) (const two)))", "(axiom x () (app (const h) (const two)))", "(axiom x () (app (const h) " + num(100) + "))", "(axiom x () (app (const h) " + num(9000) + "))",
 		"(axiom x () (app (const h) " + app("(const mul)", num(10), num(30)) + "))", "(axiom x () (app (const h) " + app("(const deep)", num(300)) + "))", "(axiom x () (app (const h) " + app("(const deep)", num(7000)) + "))",
 		"(axiom x () (pi (app (const h) " + app("(const add)", num(20), num(30)) + ") (app (const h) " + num(40) + ")))",
 		eq(app("(const mul)", num(6), num(7)), num(42)), eq(app("(const mul)", num(6), num(7)), app("(const mul)", num(7), num(6))), eq(app("(const mul)", num(6), num(7)), num(41)), eq(app("(const deep)", num(2000)), num(2000)),
@@ -36,6 +43,9 @@ func TestFuelThatIsJustEnough(t *testing.T) {
 		}
 		for _, fuel := range []int{fuel, fuel + 1, mostFuel} {
 			n, got := agrees(t, text, fuel)
+			if code := codeOf(got); code != right && code != "FArg" {
+				t.Errorf("%s: %s", shortened(more), got)
+			}
 			if m, err := small.Check(text, fuel-room); m != n || said(err) != got {
 				t.Errorf("Check(%s), fuel %d, without room: %d, %s; kernel.File: %d, %s", shortened(more), fuel, m, said(err), n, got)
 			}

@@ -89,7 +89,7 @@ func (l *looker) ctor(f *family, typ *node) *ctor {
 	envs := []*env{c.env}
 	for _, t := range types {
 		sorts = append(sorts, l.sort(t, c))
-		c = l.withType(c, t)
+		c = l.bound(t, c).inside
 		envs = append(envs, c.env)
 	}
 	l.sort(result, c)
@@ -97,7 +97,8 @@ func (l *looker) ctor(f *family, typ *node) *ctor {
 		throw(api.FForm)
 	}
 	for i, param := range f.params {
-		if !ask(l, func() bool { return l.equal(l.delay(types[i], envs[i]), l.delay(param, envs[i])) }) {
+		l.ask()
+		if !l.equal(l.delay(types[i], envs[i]), l.delay(param, envs[i])) {
 			throw(api.FForm)
 		}
 	}

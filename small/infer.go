@@ -6,16 +6,11 @@ import (
 	"provekernel/api"
 )
 
-// typing is the type of a term, for whatever its variables stand for: as a lam's type must have it, whose variable the next
-// argument takes the place of.
-type typing func(e *env) *thunk
-
-// context: the variables that a term may name, from the innermost one on. env has for each what it stands for: a variable, or
-// a let's value.
+// context: the variables that a term may name, from the innermost one on. env has for each what it stands for: a variable of its
+// own, that nothing outside knows, or a let's value. So a type needs no change where more variables come to stand behind it.
 type context struct {
 	outer *context
-	typ   typing // of the innermost variable, in the context outside
-	here  *thunk // that type, in this context
+	typ   *thunk // of the innermost variable
 	env   *env
 	count int
 }
@@ -23,13 +18,8 @@ type context struct {
 // start is the context without variables.
 func (l *looker) start() *context { return &context{env: l.own} }
 
-// withType is a context with one more variable, of a type that is a term.
-func (l *looker) withType(c *context, typ *node) *context {
-	return c.with(func(e *env) *thunk { return l.delay(typ, e) }, l.variable())
-}
-
-func (c *context) with(typ typing, stands *thunk) *context {
-	return &context{c, typ, typ(c.env), c.env.with(stands), c.count + 1}
+func (c *context) with(typ, stands *thunk) *context {
+	return &context{c, typ, c.env.with(stands), c.count + 1}
 }
 
 // find is the context whose innermost variable is that one. FVar: there is none.
@@ -43,62 +33,42 @@ func (c *context) find(n int) *context {
 	return c
 }
 
-// typeOf is the type of a term in a context. What has no free variables has one type in all of them.
+// typeOf is the type of a term in a context. What has no free variables has one type in all of them: it is found once.
 func (l *looker) typeOf(t *node, c *context) *thunk {
 	if t.free > 0 {
-		return l.infer(t, c)(c.env)
+		return l.infer(t, c)
 	}
 	known, ok := l.types[t]
 	if !ok {
-		known = l.inferred(t, c)(c.env)
+		known = l.infer(t, c)
+		known.closed = true
 		l.types[t] = known
 	}
 	return known
 }
 
-// infer is the type of a term, for whatever its variables stand for.
-func (l *looker) infer(t *node, c *context) typing {
-	if t.free == 0 {
-		return always(l.typeOf(t, c))
-	}
-	return l.inferred(t, c)
-}
-
-// always is a type that hangs on no variable.
-func always(typ *thunk) typing { return func(*env) *thunk { return typ } }
-
-// inferred is infer by the term's kind.
-func (l *looker) inferred(t *node, c *context) typing {
+// infer is typeOf by the term's kind.
+func (l *looker) infer(t *node, c *context) *thunk {
 	l.enter()
 	defer l.leave()
 	switch t.kind {
 	case api.Var:
-		return variableType(t.n, c)
+		return c.find(t.n).typ
 	case api.Sort:
 		l.lookLevels(t)
-		return always(found(&universe{above(l.rank(t.parts[0], l.own.levels))}))
+		return found(&universe{above(l.rank(t.parts[0], l.own.levels))})
 	case api.Const:
-		return always(l.constantType(t))
+		return l.constantType(t)
 	case api.App:
 		return l.application(t, c)
 	case api.Lam:
-		return l.lambda(t.parts[0], t.parts[1], c)
+		return l.lambda(t, c)
 	case api.Pi:
 		from := l.sort(t.parts[0], c)
-		to := l.sort(t.parts[1], l.withType(c, t.parts[0]))
-		return always(found(&universe{over(from, to)}))
+		to := l.sort(t.parts[1], l.bound(t.parts[0], c).inside)
+		return found(&universe{over(from, to)})
 	}
 	return l.binding(t.parts[0], t.parts[1], t.parts[2], c)
-}
-
-func variableType(n int, c *context) typing {
-	at := c.find(n)
-	return func(e *env) *thunk {
-		if e == c.env {
-			return at.here
-		}
-		return at.typ(e.out(n + 1))
-	}
 }
 
 // lookLevels throws FParam, if a parameter of a node's levels is none of the declaration's.
@@ -126,51 +96,58 @@ func (l *looker) constantType(t *node) *thunk {
 }
 
 // application is the type of a function, that is no application itself, with arguments.
-func (l *looker) application(t *node, c *context) typing {
+func (l *looker) application(t *node, c *context) *thunk {
 	f, args := t.spine()
-	typ := l.infer(f, c)
-	here := typ(c.env)
+	typ := l.typeOf(f, c)
 	for _, arg := range args {
-		p := l.product(here)
+		p := l.product(typ)
 		l.match(l.typeOf(arg, c), p.domain)
-		here = p.codomain(l.delay(arg, c.env))
+		typ = p.codomain(l.delay(arg, c.env))
 	}
-	return func(e *env) *thunk {
-		if e == c.env {
-			return here
-		}
-		return later(func() value {
-			there := typ(e)
-			for _, arg := range args {
-				there = l.product(there).codomain(l.delay(arg, e))
-			}
-			return l.force(there)
-		})
-	}
+	return typ
 }
 
-// lambda is the type of a lam.
-func (l *looker) lambda(domain, body *node, c *context) typing {
-	l.sort(domain, c)
-	inner := l.infer(body, l.withType(c, domain))
-	return func(e *env) *thunk {
-		return found(&product{l.delay(domain, e), func(v *thunk) *thunk { return inner(e.with(v)) }})
+// bound: a variable that has been bound: its type, the number that it has, and the context with it.
+type bound struct {
+	domain   *thunk
+	variable int
+	inside   *context
+}
+
+// bound binds a variable of a type that has a sort.
+func (l *looker) bound(typ *node, c *context) bound {
+	domain, variable := l.delay(typ, c.env), l.variable()
+	return bound{domain, l.variables, c.with(domain, variable)}
+}
+
+// lambda is the type of a lam, and of those that it begins with: all are bound at once.
+func (l *looker) lambda(t *node, c *context) *thunk {
+	var bs []bound
+	for len(bs) == 0 || t.kind == api.Lam && t.free > 0 {
+		l.sort(t.parts[0], c)
+		bs = append(bs, l.bound(t.parts[0], c))
+		t, c = t.parts[1], bs[len(bs)-1].inside
 	}
+	return l.products(bs, l.typeOf(t, c), nil)
+}
+
+// products is (pi d1 .. (pi dn result)), of variables and a type in which they stand, with others in the place of some.
+func (l *looker) products(bs []bound, result *thunk, s *exchange) *thunk {
+	if len(bs) == 0 {
+		return l.exchanged(result, s)
+	}
+	b := bs[0]
+	return found(&product{l.exchanged(b.domain, s), func(v *thunk) *thunk {
+		return l.products(bs[1:], result, &exchange{s, b.variable, v})
+	}})
 }
 
 // binding is the type of a let.
-func (l *looker) binding(domain, stands, body *node, c *context) typing {
+func (l *looker) binding(domain, stands, body *node, c *context) *thunk {
 	l.sort(domain, c)
-	typ := l.infer(stands, c)
-	l.match(typ(c.env), l.delay(domain, c.env))
-	within := c.with(typ, l.delay(stands, c.env))
-	inner := l.infer(body, within)
-	return func(e *env) *thunk {
-		if e == c.env {
-			return inner(within.env)
-		}
-		return inner(e.with(l.delay(stands, e)))
-	}
+	typ := l.typeOf(stands, c)
+	l.match(typ, l.delay(domain, c.env))
+	return l.typeOf(body, c.with(typ, l.delay(stands, c.env)))
 }
 
 // sort is the level of the sort that a term's type comes to. FSort: it comes to none.
@@ -196,12 +173,14 @@ func (l *looker) form(typ *thunk) value {
 	if typ.made != nil {
 		return typ.made
 	}
-	return ask(l, func() value { return l.force(typ) })
+	l.ask()
+	return l.force(typ)
 }
 
 // match asks whether a type is equal to the one that there should be. FArg: it is not.
 func (l *looker) match(typ, asked *thunk) {
-	if !ask(l, func() bool { return l.equal(typ, asked) }) {
+	l.ask()
+	if !l.equal(typ, asked) {
 		throw(api.FArg)
 	}
 }

@@ -59,15 +59,8 @@ func (l *looker) enter() {
 
 func (l *looker) leave() { l.deep-- }
 
-// ask asks a question, that has steps of its own. It may lie within another one: a type can be asked for its form once more,
-// where other things stand in the place of variables; the kernel has that form at hand, and takes no step for it.
-func ask[T any](l *looker, question func() T) T {
-	left, looks := l.left, l.looks
-	l.left, l.looks = l.fuel, mostLooks
-	answer := question()
-	l.left, l.looks = left, looks
-	return answer
-}
+// ask begins a question, that has steps of its own.
+func (l *looker) ask() { l.left, l.looks = l.fuel, mostLooks }
 
 // variable is a new one.
 func (l *looker) variable() *thunk {

@@ -42,8 +42,9 @@ type head struct {
 
 // thunk is a value that is found once it is asked for, and kept then.
 type thunk struct {
-	made value
-	find func() value
+	made   value
+	find   func() value
+	closed bool // no variable stands in it
 }
 
 // env: what variables stand for, the innermost one first, and the parameters of levels.
@@ -96,11 +97,14 @@ func (l *looker) delay(t *node, e *env) *thunk {
 		return e.out(t.n).stands
 	}
 	if t.free > 0 || !t.plain {
-		return later(func() value { return l.eval(t, e) })
+		made := later(func() value { return l.eval(t, e) })
+		made.closed = t.free == 0
+		return made
 	}
 	known, ok := l.values[t]
 	if !ok {
 		known = later(func() value { return l.eval(t, l.own) })
+		known.closed = true
 		l.values[t] = known
 	}
 	return known
