@@ -8,6 +8,9 @@ const mostLooks = 1 << 18
 // deepest: how deep calls may lie within calls. Those that take steps may lie as deep as there is fuel.
 const deepest = 300000
 
+// mostKept: how many steps may have been taken for what is kept of terms: it takes up room for each.
+const mostKept = 1 << 18
+
 // looker looks one declaration over.
 type looker struct {
 	*world
@@ -22,10 +25,12 @@ type looker struct {
 	variables int              // how many have been made
 	values    map[*node]*thunk // of terms that hang on nothing
 	types     map[*node]*thunk // of the declaration's own terms that have no free variables
+	taken     int              // how many steps have been taken since these have been kept
 }
 
 func newLooker(w *world, params []string) *looker {
-	l := &looker{world: w, params: params, points: pointsOf(len(params)), values: map[*node]*thunk{}, types: map[*node]*thunk{}}
+	l := &looker{world: w, params: params, points: pointsOf(len(params))}
+	l.forget()
 	var own []*rank
 	for _, numbers := range numbersOf(len(params)) {
 		own = append(own, &rank{worths: numbers})
@@ -40,6 +45,7 @@ func (l *looker) step() {
 		throw(api.FTired)
 	}
 	l.left--
+	l.taken++
 }
 
 // look counts a value that is compared.
@@ -60,7 +66,17 @@ func (l *looker) enter() {
 func (l *looker) leave() { l.deep-- }
 
 // ask begins a question, that has steps of its own.
-func (l *looker) ask() { l.left, l.looks = l.fuel, mostLooks }
+func (l *looker) ask() {
+	l.left, l.looks = l.fuel, mostLooks
+	if l.taken > mostKept {
+		l.forget()
+	}
+}
+
+// forget gives up what is kept of terms: it is found again where it is asked for.
+func (l *looker) forget() {
+	l.values, l.types, l.taken = map[*node]*thunk{}, map[*node]*thunk{}, 0
+}
 
 // variable is a new one.
 func (l *looker) variable() *thunk {

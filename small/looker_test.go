@@ -102,3 +102,26 @@ func TestGuards(t *testing.T) {
 		t.Errorf("however many steps")
 	}
 }
+
+// What is kept of terms is given up when much has been done for it, between two questions.
+func TestForgetting(t *testing.T) {
+	l, n := read(t, worldText+"(def x () (const Nat) (app (app (const add) (const one)) (const one)))")
+	typ, v := l.typeOf(n, l.start()), l.delay(n, l.own)
+	l.force(v)
+	l.ask()
+	if l.typeOf(n, l.start()) != typ || l.delay(n, l.own) != v {
+		t.Errorf("it is not kept")
+	}
+	l.taken = mostKept + 1
+	l.step()
+	if l.delay(n, l.own) != v {
+		t.Errorf("it is given up within a question")
+	}
+	l.ask()
+	if len(l.values) > 0 || len(l.types) > 0 || l.taken > 0 {
+		t.Errorf("it is kept")
+	}
+	if l.typeOf(n, l.start()) == typ || l.delay(n, l.own) == v || !l.equal(l.delay(n, l.own), v) {
+		t.Errorf("it is not found again")
+	}
+}
