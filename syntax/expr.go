@@ -96,23 +96,14 @@ func applied(f, a *api.Expr) *api.Expr { return made(api.XApply, f.At, "", f, a)
 
 // beforeAtom tells whether an atom begins with the next token.
 func (r *reader) beforeAtom() bool {
-	if r.ahead.kind == name {
-		return true
-	}
-	if r.ahead.kind != fixed {
-		return false
-	}
 	switch r.ahead.text {
 	case "@", "_", "Prop", "Type", "Sort", "(":
 		return true
 	}
-	return false
+	return r.ahead.kind == name
 }
 
 func (r *reader) atom() *api.Expr {
-	if !r.beforeAtom() {
-		r.refuse()
-	}
 	at := r.ahead.at
 	switch {
 	case r.took("("):

@@ -101,7 +101,7 @@ func (s *scanner) name() token {
 // number takes the next token, that must be a number of at most that.
 func (s *scanner) number(most int) int {
 	n, err := strconv.Atoi(s.ahead.text)
-	if s.ahead.kind != digits || err != nil || n > most || strconv.Itoa(n) != s.ahead.text {
+	if err != nil || n > most || strconv.Itoa(n) != s.ahead.text {
 		s.refuse()
 	}
 	s.advance()
