@@ -108,6 +108,7 @@ func (p *printer) expr(e *api.Expr, least rank) {
 	}
 }
 
+// called takes a name apart, from behind: what is put last is printed first.
 func (p *printer) called(e *api.Expr) {
 	var levels []piece
 	for i := range e.Levels {
