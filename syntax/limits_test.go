@@ -249,6 +249,38 @@ func TestBindersWithinBinders(t *testing.T) {
 	}
 }
 
+// Texts that come again and again, in brackets and without, at the end of a long text: they are what they were the first time.
+func TestLongTextsAgain(t *testing.T) {
+	for _, c := range []struct {
+		n       int
+		in, out func(t string) string
+	}{
+		{n: 19, in: func(t string) string { return "forall (x y : " + t + "), A" },
+			out: func(t string) string { return "forall (x : " + t + "), forall (y : " + t + "), A" }},
+		{n: 18, in: func(t string) string { return "fun {x y : f (" + t + ") -> @g} => A" },
+			out: func(t string) string {
+				return "fun {x : f (" + t + ") -> @g} => fun {y : f (" + t + ") -> @g} => A"
+			}},
+		{n: 12, in: func(t string) string { return "forall {x y z : (" + t + ") = B}, (A : B)" },
+			out: func(t string) string {
+				return "forall {x : (" + t + ") = B}, forall {y : (" + t + ") = B}, forall {z : (" + t + ") = B}, (A : B)"
+			}},
+	} {
+		in, out := "fun (w : A) => A", "fun (w : A) => A"
+		for range c.n {
+			in, out = c.in(in), c.out(out)
+		}
+		if len(out) < 2*keptFrom {
+			t.Errorf("%d bytes are not long", len(out))
+		}
+		in, out = "axiom a (b c : "+in+") : "+in+".", "axiom a (b : "+out+") (c : "+out+") : "+out+".\n"
+		cs := parsed(t, in)
+		if Print(cs) != out {
+			t.Errorf("%.60s.. within one another are printed otherwise than they are written", in)
+		}
+	}
+}
+
 // twofold is a text of that many binders, each of two names, each in the type of the one around it.
 func twofold(n int) string {
 	return "axiom a:" + strings.Repeat("forall(a b:", n) + "A" + strings.Repeat("),A", n) + "."
@@ -270,7 +302,7 @@ func TestPrintEnds(t *testing.T) {
 					t.Errorf("%v is thrown", thrown)
 				}
 			}()
-			newPrinter(2000).command(&api.Command{Kind: api.CAxiom, Name: "a", Type: e})
+			newPrinter(2000, 2000).command(&api.Command{Kind: api.CAxiom, Name: "a", Type: e})
 		}()
 	}
 }

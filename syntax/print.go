@@ -20,31 +20,57 @@ const (
 	atom
 )
 
-// piece of what is to be printed: a token, or else an expression or a level, that is taken apart when its turn comes.
+// piece of what is to be printed: a token, or else an expression or a level, that is taken apart when its turn comes, or the
+// end of an expression that has been.
 type piece struct {
 	text  string
 	expr  *api.Expr
 	level *api.Level
 	least rank
+	ends  bool
+	from  int // of an end: where the expression's text begins
 }
 
-// mostRoom: how many bytes a text and the pieces that it is made of may take up. pieceRoom: how many one piece counts.
+// mostBytes: how many bytes a text may have. mostWaiting: how many pieces may wait to be printed; no tree that is held in
+// memory has so many, unless it is a part of itself.
 const (
-	mostRoom  = 1 << 31
-	pieceRoom = 40
+	mostBytes   = 1 << 33
+	mostWaiting = 1 << 25
 )
 
-// printer writes token after token. It keeps what is still to be printed in a list of its own: no tree is too deep for it.
+// printer writes token after token, or only measures what it would write. It keeps what is still to be printed in a list of its
+// own: no tree is too deep for it.
 type printer struct {
 	strings.Builder
+	writes  bool
+	length  int     // of the text so far
+	room    int     // how many bytes it may have
 	tight   bool    // whether the next token stands without a blank ahead
 	todo    []piece // the last one is the next
-	room    int
+	waiting int     // how many pieces that list may have
+	spelt   map[shape]stretch
 	tactics []string // their words, by kind
 }
 
-func newPrinter(room int) *printer {
-	return &printer{tight: true, room: room, tactics: tacticWords()}
+func newPrinter(room, waiting int) *printer {
+	return &printer{tight: true, room: room, waiting: waiting, spelt: map[shape]stretch{}, tactics: tacticWords()}
+}
+
+// textOf is the text of commands. It is measured first: a text that is too long costs no room.
+func textOf(cs []api.Command, room int) string {
+	measuring := newPrinter(room, mostWaiting)
+	measuring.commands(cs)
+	writing := newPrinter(room, mostWaiting)
+	writing.writes = true
+	writing.Grow(measuring.length)
+	writing.commands(cs)
+	return writing.String()
+}
+
+func (p *printer) commands(cs []api.Command) {
+	for i := range cs {
+		p.command(&cs[i])
+	}
 }
 
 // print prints pieces, and all that they are made of.
@@ -55,6 +81,8 @@ func (p *printer) print(ps ...piece) {
 		now := p.todo[last]
 		p.todo = p.todo[:last]
 		switch {
+		case now.ends:
+			p.remember(now)
 		case now.expr != nil:
 			p.expr(now.expr, now.least)
 		case now.level != nil:
@@ -67,26 +95,39 @@ func (p *printer) print(ps ...piece) {
 
 // next puts pieces ahead of what is still to be printed.
 func (p *printer) next(ps ...piece) {
-	p.use(pieceRoom * len(ps))
+	p.wait(len(p.todo) + len(ps))
 	for i := len(ps) - 1; i >= 0; i-- {
 		p.todo = append(p.todo, ps[i])
 	}
 }
 
+// wait throws FTired when so many pieces are too many.
+func (p *printer) wait(n int) {
+	if n > p.waiting {
+		fault.Throw(api.FTired)
+	}
+}
+
 // token writes one token, with a blank ahead of it where one must stand.
 func (p *printer) token(text string) {
-	p.use(len(text) + 1)
 	if !p.tight && !hugsLeft(text) {
-		p.WriteByte(' ')
+		p.put(" ")
 	}
-	p.WriteString(text)
+	p.put(text)
 	p.tight = hugsRight(text)
 }
 
-// use takes room, and throws FTired when there is none left.
+// put writes a part of the text, and throws FTired when there is no room left for it.
+func (p *printer) put(text string) {
+	p.use(len(text))
+	if p.writes {
+		p.WriteString(text)
+	}
+}
+
 func (p *printer) use(n int) {
-	p.room -= n
-	if p.room < 0 {
+	p.length += n
+	if p.length > p.room {
 		fault.Throw(api.FTired)
 	}
 }
@@ -132,8 +173,7 @@ func (p *printer) command(c *api.Command) {
 		p.print(word(":="), exprIn(&c.Value, loose))
 	}
 	p.print(word("."))
-	p.use(1)
-	p.WriteByte('\n')
+	p.put("\n")
 	p.tight = true
 }
 

@@ -88,6 +88,9 @@ func (p *printer) expr(e *api.Expr, least rank) {
 		p.next(word("("), exprIn(e, loose), word(")"))
 		return
 	}
+	if p.repeat(e) {
+		return
+	}
 	switch e.Kind {
 	case api.XName:
 		p.called(e)
@@ -186,9 +189,9 @@ func (p *printer) level(l *api.Level, least rank) {
 func (p *printer) takenOff(l *api.Level) (*api.Level, int) {
 	n := 0
 	for isSuccessor(l) {
-		p.use(pieceRoom)
 		l = &l.Args[0]
 		n++
+		p.wait(n)
 	}
 	return l, n
 }
