@@ -1,6 +1,7 @@
 package reduce
 
 import (
+	"maps"
 	"slices"
 
 	"provekernel/api"
@@ -46,6 +47,14 @@ func (e *Env) With(d api.Decl) *Env {
 	more := &Env{outer: e}
 	more.Put(d, nil, api.Term{})
 	return more
+}
+
+// Copy is an environment that knows what this one does: what is put into one of the two the other does not know.
+func (e *Env) Copy() *Env {
+	if e == nil {
+		return New()
+	}
+	return &Env{decls: slices.Clone(e.decls), known: maps.Clone(e.known), outer: e.outer}
 }
 
 // Recursor is the name of a family's recursor.

@@ -1,0 +1,152 @@
+package elab
+
+import (
+	"provekernel/api"
+	"provekernel/fault"
+	"provekernel/tree"
+)
+
+// draft of a command: the types of its binders, its type, then its value or its constructors' types, each under the binders.
+type draft struct {
+	binders []*node
+	typ     *node
+	rest    []*node
+}
+
+// declaration is what a command becomes.
+func (s *State) declaration(c *api.Command, fuel int) api.Decl {
+	if c.Kind < api.CAxiom || c.Kind > api.CInductive {
+		fault.ThrowAt(api.FText, c.At)
+	}
+	h := &holes{}
+	d := &drafter{holes: h, find: s.find, names: map[string][]int{}}
+	made := d.command(c)
+	if c.Kind == api.CTheorem && c.ByTactics {
+		fault.ThrowAt(api.FTactic, firstTactic(c))
+	}
+	j := newJudge(s, h, max(fuel, 0))
+	if d.claims > 0 || len(h.terms) > 0 || len(h.levels) > 0 {
+		j.settleAll(c, made, d.claims > 0)
+	}
+	return j.declare(c, made)
+}
+
+// firstTactic is the place of a proof's first tactic.
+func firstTactic(c *api.Command) int {
+	if len(c.Tactics) == 0 {
+		return c.At
+	}
+	return c.Tactics[0].At
+}
+
+// command makes the expressions of a command nodes.
+func (d *drafter) command(c *api.Command) draft {
+	var made draft
+	for i := range c.Binders {
+		made.binders = append(made.binders, d.expr(&c.Binders[i].Type))
+		d.bind(c.Binders[i].Name)
+	}
+	made.typ = d.expr(&c.Type)
+	switch {
+	case c.Kind == api.CInductive:
+		d.family = c
+		for i := range c.Ctors {
+			made.rest = append(made.rest, d.expr(&c.Ctors[i].Type))
+		}
+	case c.Kind != api.CAxiom && !c.ByTactics:
+		made.rest = append(made.rest, d.expr(&c.Value))
+	}
+	return made
+}
+
+// settleAll finds all that is left open in a command. FStuck: something cannot be found. Of what an ascription says the kernel
+// sees nothing: it must not wait in the end.
+func (j *judge) settleAll(c *api.Command, made draft, claims bool) {
+	terms, levels := len(j.terms), len(j.levels)
+	j.look(c, made)
+	for i := range terms {
+		at, open := j.terms[i].at, j.terms[i].value == nil
+		if !open {
+			_, open = j.firstHole(j.solved(j.terms[i].value))
+		}
+		if open {
+			fault.ThrowAt(api.FStuck, at)
+		}
+	}
+	for i := range levels {
+		if value := j.levels[i].value; value == nil || j.levelHasHoles(j.solvedLevel(value)) {
+			fault.ThrowAt(api.FStuck, j.levels[i].at)
+		}
+	}
+	if claims && len(j.waiting) > 0 {
+		fault.ThrowAt(api.FStuck, j.waiting[0].at)
+	}
+}
+
+// look looks at all the parts of a command.
+func (j *judge) look(c *api.Command, made draft) {
+	var s scope
+	for _, n := range made.binders {
+		j.sort(n, s)
+		s = s.with(j.newLocal(j.term(n, s)))
+	}
+	j.sort(made.typ, s)
+	if c.Kind == api.CInductive {
+		typ := j.boundBy(api.Pi, j.term(made.typ, s), s)
+		j.family = &api.Decl{Name: c.Name, Params: c.Params, Type: *typ}
+	}
+	for _, n := range made.rest {
+		if c.Kind == api.CInductive {
+			j.sort(n, s)
+		} else {
+			j.check(n, opened{term: j.term(made.typ, s)}, s)
+		}
+	}
+	j.settle()
+}
+
+// declare is the declaration, with all that has been found.
+func (j *judge) declare(c *api.Command, made draft) api.Decl {
+	d := api.Decl{Kind: api.Def, Name: c.Name, Params: c.Params}
+	d.Type = j.whole(api.Pi, made.binders, made.typ)
+	switch c.Kind {
+	case api.CAxiom:
+		d.Kind = api.Axiom
+	case api.CInductive:
+		d.Kind, d.Arity = api.Inductive, len(made.binders)
+		for i, n := range made.rest {
+			d.Ctors = append(d.Ctors, api.Ctor{Name: c.Ctors[i].Name, Type: j.whole(api.Pi, made.binders, n)})
+		}
+	default:
+		d.Value = j.whole(api.Lam, made.binders, made.rest[0])
+	}
+	return d
+}
+
+// whole is the term of a node behind binders of that kind.
+func (j *judge) whole(kind int, binders []*node, n *node) api.Term {
+	made := j.final(n, len(binders))
+	for i := len(binders) - 1; i >= 0; i-- {
+		made = &api.Term{Kind: kind, Args: []api.Term{*j.final(binders[i], i), *made}}
+	}
+	j.measure(made, tree.MostParts)
+	return *made
+}
+
+// measure throws FTired, if a term has more than so many parts: how many may be left is what it answers.
+func (j *judge) measure(t *api.Term, left int) int {
+	left--
+	if left < 0 {
+		fault.Throw(api.FTired)
+	}
+	for i := range t.Args {
+		left = j.measure(&t.Args[i], left)
+	}
+	return left
+}
+
+// final is the term of a node under that many binders, with all that has been found.
+func (j *judge) final(n *node, binders int) *api.Term {
+	var none scope
+	return j.solved(j.termOf(n, none, binders))
+}

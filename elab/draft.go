@@ -1,0 +1,180 @@
+package elab
+
+import (
+	"slices"
+
+	"provekernel/api"
+	"provekernel/fault"
+)
+
+// mostNodes: how many nodes the text of a command may have. The document promises nothing of terms that have so many parts;
+// trees whose parts share memory may have more than any memory holds.
+const mostNodes = 1 << 18
+
+// drafter makes nodes of expressions: it tells what their names mean, and where holes stand.
+type drafter struct {
+	*holes
+	find   func(name string) (constant, bool) // what is known of a constant
+	family *api.Command                       // whose constructors are being made; nil: none
+	names  map[string][]int                   // of the binders around: how many stand outside of each, the innermost last
+	depth  int                                // how many binders stand around
+	nodes  int
+	claims int // how many ascriptions there are
+}
+
+// node is a new one of that kind, of what stands at that place.
+func (d *drafter) node(kind kind, at int, parts ...*node) *node {
+	d.nodes++
+	if d.nodes > mostNodes {
+		fault.Throw(api.FTired)
+	}
+	return &node{kind: kind, at: at, parts: parts}
+}
+
+// part i of an expression. Parse answers none that lacks one.
+func part(e *api.Expr, i int) *api.Expr {
+	if i >= len(e.Args) {
+		fault.ThrowAt(api.FText, e.At)
+	}
+	return &e.Args[i]
+}
+
+// expr makes an expression a node.
+func (d *drafter) expr(e *api.Expr) *node {
+	switch e.Kind {
+	case api.XName, api.XApply:
+		return d.application(e)
+	case api.XSort:
+		n := d.node(universe, e.At)
+		n.levels = copiedLevels(e.Levels)
+		return n
+	case api.XHole:
+		return d.hole(e.At)
+	case api.XFun:
+		return d.binder(function, e)
+	case api.XForall:
+		return d.binder(product, e)
+	case api.XLet:
+		return d.let(e)
+	case api.XIs:
+		d.claims++
+		expression := d.expr(part(e, 0))
+		return d.node(ascribed, e.At, expression, d.expr(part(e, 1)))
+	}
+	fault.ThrowAt(api.FText, e.At)
+	return nil
+}
+
+// hole is one that stands at that place.
+func (d *drafter) hole(at int) *node {
+	n := d.node(opening, at)
+	n.number = d.newHole(at, d.depth)
+	return n
+}
+
+// binder makes a fun or a forall a node.
+func (d *drafter) binder(kind kind, e *api.Expr) *node {
+	typ := d.expr(part(e, 0))
+	d.bind(e.Name)
+	body := d.expr(part(e, 1))
+	d.unbind(e.Name)
+	return d.node(kind, e.At, typ, body)
+}
+
+func (d *drafter) let(e *api.Expr) *node {
+	typ := d.expr(part(e, 0))
+	value := d.expr(part(e, 1))
+	d.bind(e.Name)
+	body := d.expr(part(e, 2))
+	d.unbind(e.Name)
+	return d.node(binding, e.At, typ, value, body)
+}
+
+// bind puts a binder of that name around what is made next.
+func (d *drafter) bind(name string) {
+	d.names[name] = append(d.names[name], d.depth)
+	d.depth++
+}
+
+// unbind takes the innermost binder, which has that name, away.
+func (d *drafter) unbind(name string) {
+	d.names[name] = d.names[name][:len(d.names[name])-1]
+	d.depth--
+}
+
+// application makes a name, or what is applied to arguments, a node. A constant has holes for those of its implicit arguments
+// that stand ahead of one that is given, or at once behind the last one.
+func (d *drafter) application(e *api.Expr) *node {
+	var args []*api.Expr
+	for ; e.Kind == api.XApply; e = part(e, 0) {
+		args = append(args, part(e, 1))
+	}
+	slices.Reverse(args)
+	head, signs := d.head(e)
+	n := d.node(applied, e.At, head)
+	for _, implicit := range signs {
+		if implicit {
+			n.parts = append(n.parts, d.hole(e.At))
+			continue
+		}
+		if len(args) == 0 {
+			break
+		}
+		n.parts = append(n.parts, d.expr(args[0]))
+		args = args[1:]
+	}
+	for _, arg := range args {
+		n.parts = append(n.parts, d.expr(arg))
+	}
+	if len(n.parts) == 1 {
+		return head
+	}
+	return n
+}
+
+// head makes what is applied a node, with the signs of the arguments that it has.
+func (d *drafter) head(e *api.Expr) (*node, []bool) {
+	if e.Kind != api.XName {
+		return d.expr(e), nil
+	}
+	if around := d.names[e.Name]; !e.Infix && len(around) > 0 {
+		if e.Given {
+			fault.ThrowAt(api.FName, e.At)
+		}
+		n := d.node(variable, e.At)
+		n.number = around[len(around)-1]
+		return n, nil
+	}
+	n := d.node(named, e.At)
+	n.name = e.Name
+	signs := d.constant(n, e)
+	if e.Explicit {
+		signs = nil
+	}
+	return n, signs
+}
+
+// constant gives a constant its levels, and answers the signs of its arguments. The family's own has in its constructors the
+// levels of its parameters, since no others would do.
+func (d *drafter) constant(n *node, e *api.Expr) []bool {
+	known, ok := d.find(e.Name)
+	own := d.family != nil && d.family.Name == e.Name
+	switch {
+	case !ok && !own:
+		fault.ThrowAt(api.FName, e.At)
+	case e.Given:
+		n.levels = copiedLevels(e.Levels)
+	case own:
+		for _, name := range d.family.Params {
+			n.levels = append(n.levels, api.Level{Kind: api.Param, Name: name})
+		}
+	default:
+		for range known.params {
+			n.levels = append(n.levels, d.newLevel(e.At))
+		}
+	}
+	if own {
+		return ofBinders(d.family.Binders)
+	}
+	return known.implicit
+}
