@@ -60,18 +60,24 @@ func (j *judge) moves(name string) bool {
 	return known.moves
 }
 
-// whnf is the weak head normal form of a term. The values of lets know nothing of what has been found since: what they bring in
-// is looked at again.
+// whnf is the weak head normal form of a term: the term itself, if it is one already. The values of lets know nothing of what has
+// been found since: where they bring that in, what comes of it is looked at again.
 func (j *judge) whnf(t *api.Term) *api.Term {
-	for t = j.headed(t); !j.inForm(t); t = j.headed(t) {
+	t = j.headed(t)
+	for !j.inForm(t) {
 		t = j.solved(t)
 		made, steps, err := j.env.Whnf(*t, j.fuel)
 		pass(err)
-		if steps == 0 {
+		j.spend(steps + tree.Parts(&made))
+		if j.same(&made, t) {
 			return t
 		}
-		j.spend(steps + tree.Parts(&made))
 		t = &made
+		found := j.solved(t)
+		if found == t {
+			return t
+		}
+		t = found
 	}
 	return t
 }
