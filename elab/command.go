@@ -64,23 +64,33 @@ func (d *drafter) command(c *api.Command) draft {
 func (j *judge) settleAll(c *api.Command, made draft, claims bool) {
 	terms, levels := len(j.terms), len(j.levels)
 	j.look(c, made)
-	for i := range terms {
-		at, open := j.terms[i].at, j.terms[i].value == nil
-		if !open {
-			_, open = j.firstHole(j.solved(j.terms[i].value))
-		}
-		if open {
-			fault.ThrowAt(api.FStuck, at)
+	at, open := j.leftOpen(terms, levels, claims)
+	if open {
+		j.guess()
+		at, open = j.leftOpen(terms, levels, claims)
+	}
+	if open {
+		fault.ThrowAt(api.FStuck, at)
+	}
+}
+
+// leftOpen is the place of the first of so many holes and levels that has not been found, or of what waits, if nothing may; false:
+// all has been found.
+func (j *judge) leftOpen(terms, levels int, claims bool) (at int, ok bool) {
+	for _, h := range j.terms[:terms] {
+		if h.value == nil || j.hasHoles(j.solved(h.value)) {
+			return h.at, true
 		}
 	}
-	for i := range levels {
-		if value := j.levels[i].value; value == nil || j.levelHasHoles(j.solvedLevel(value)) {
-			fault.ThrowAt(api.FStuck, j.levels[i].at)
+	for _, l := range j.levels[:levels] {
+		if l.value == nil || j.levelHasHoles(j.solvedLevel(l.value)) {
+			return l.at, true
 		}
 	}
 	if claims && len(j.waiting) > 0 {
-		fault.ThrowAt(api.FStuck, j.waiting[0].at)
+		return j.waiting[0].at, true
 	}
+	return 0, false
 }
 
 // look looks at all the parts of a command.

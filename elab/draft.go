@@ -45,6 +45,9 @@ func (d *drafter) expr(e *api.Expr) *node {
 	case api.XName, api.XApply:
 		return d.application(e)
 	case api.XSort:
+		if len(e.Levels) != 1 {
+			fault.ThrowAt(api.FText, e.At)
+		}
 		n := d.node(universe, e.At)
 		n.levels = copiedLevels(e.Levels)
 		return n

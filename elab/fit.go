@@ -146,7 +146,7 @@ func (j *judge) bindersFit(a, b *api.Term) bool {
 		if !j.fits(typ, j.filled(&b.Args[0], locals)) {
 			return false
 		}
-		locals = append(locals, localTerm(j.newLocal(typ)))
+		locals = append(locals, j.newVariable(typ))
 		a, b = &a.Args[1], &b.Args[1]
 	}
 	return j.fits(j.filled(a, locals), j.filled(b, locals))
@@ -157,6 +157,6 @@ func (j *judge) etaFits(f, other *api.Term) bool {
 	if other.Kind == api.Sort || other.Kind == api.Pi {
 		return false
 	}
-	x := localTerm(j.newLocal(&f.Args[0]))
+	x := j.newVariable(&f.Args[0])
 	return j.fits(j.filled(&f.Args[1], []*api.Term{x}), applyTo(other, []*api.Term{x}))
 }

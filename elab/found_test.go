@@ -56,6 +56,25 @@ func TestFound(t *testing.T) {
 	}
 }
 
+// What waits in the end, and could be more than one thing, is what comes to mind first.
+func TestGuessed(t *testing.T) {
+	for _, c := range [][4]string{
+		{"", "Nat", "(fun x y => x) zero one", "(app (app (lam (const Nat) (lam (const Nat) #1)) (const zero)) (const one))"},
+		{"", "Nat", "(fun x y z => y) zero one nil.{0}", ""},
+		{"", "Nat", "(fun x y z => x) zero one (refl : one = one)", "(app (app (app (lam (const Nat) (lam (const Nat) (lam (app (app (app (const Eq (s 0)) (const Nat)) (const one)) (const one)) #2))) (const zero)) (const one)) (app (app (const refl (s 0)) (const Nat)) (const one)))"},
+		{"axiom f {A : Type} : A.", "Nat", "f zero", "(app (app (const f) (pi (const Nat) (const Nat))) (const zero))"},
+		{"axiom f {Q : Nat -> Prop} (n : Nat) (h : Q n) : Nat.", "Nat", "f zero (p : P zero)", "(app (app (app (const f) (const P)) (const zero)) (app (const p) (const zero)))"},
+		{"axiom f {Q : Nat -> Prop} (n : Nat) (h : Q n) : Nat.", "forall (x : Nat), P x -> Nat", "fun x h => f x h", "(lam (const Nat) (lam (app (const P) #0) (app (app (app (const f) (const P)) #1) #0)))"},
+		{"", "forall (A B : Prop), And A B -> And B A", "fun A B h => And.rec _ _ _ (fun a b => both b a) h", "(lam (sort 0) (lam (sort 0) (lam (app (app (const And) #1) #0) (app (app (app (app (app (const And.rec 0) #2) #1) (lam (app (app (const And) #2) #1) (app (app (const And) #2) #3))) (lam #2 (lam #2 (app (app (app (app (const both) #3) #4) #0) #1)))) #0))))"},
+	} {
+		if c[3] == "" {
+			refused(t, c[0]+" def a : "+c[1]+" := "+c[2]+".", "FStuck at 25")
+			continue
+		}
+		value(t, c[0], c[1], c[2], c[3])
+	}
+}
+
 // Levels that are not given are found: as one that must be the same, as one of which a successor is told.
 func TestFoundLevels(t *testing.T) {
 	for _, c := range [][2]string{

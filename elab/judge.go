@@ -12,6 +12,7 @@ const mostWork = 1 << 26
 
 // local: a variable of a context.
 type local struct {
+	term  *api.Term
 	typ   *api.Term
 	isLet bool // it has a value, that the judge's environment knows
 }
@@ -44,15 +45,22 @@ func newJudge(s *State, h *holes, fuel int) *judge {
 
 // newLocal makes a variable of that type: its number.
 func (j *judge) newLocal(typ *api.Term) int {
-	j.locals = append(j.locals, local{typ: typ})
-	return len(j.locals) - 1
+	number := len(j.locals)
+	j.locals = append(j.locals, local{term: localTerm(number), typ: typ})
+	return number
+}
+
+// newVariable makes a variable of that type, and answers it as a term.
+func (j *judge) newVariable(typ *api.Term) *api.Term {
+	number := j.newLocal(typ)
+	return j.locals[number].term
 }
 
 // newLet makes a variable that stands for a value.
 func (j *judge) newLet(typ, value *api.Term) int {
 	number := j.newLocal(typ)
 	j.locals[number].isLet = true
-	d := api.Decl{Kind: api.Def, Name: localTerm(number).Name, Type: *typ, Value: *value}
+	d := api.Decl{Kind: api.Def, Name: j.locals[number].term.Name, Type: *typ, Value: *value}
 	if j.lets {
 		j.env.Put(d, nil, api.Term{})
 	} else {
@@ -114,7 +122,7 @@ func (j *judge) check(n *node, want opened, s scope) {
 func (j *judge) checkHole(n *node, typ *api.Term, s scope) {
 	h := j.terms[n.number]
 	if h.typ != nil {
-		j.agree(j.filled(h.typ, localsOf(s)), typ, n.at)
+		j.agree(j.filled(h.typ, j.localsOf(s)), typ, n.at)
 		return
 	}
 	h.typ = j.bound(typ, s)
@@ -122,16 +130,16 @@ func (j *judge) checkHole(n *node, typ *api.Term, s scope) {
 	if h.value == nil {
 		return
 	}
-	if have, ok := j.typeOf(j.filled(h.value, localsOf(s))); ok {
+	if have, ok := j.typeOf(j.filled(h.value, j.localsOf(s))); ok {
 		j.agree(have, typ, n.at)
 	}
 }
 
 // localsOf are the variables of a scope.
-func localsOf(s scope) []*api.Term {
+func (j *judge) localsOf(s scope) []*api.Term {
 	var all []*api.Term
 	for _, number := range s {
-		all = append(all, localTerm(number))
+		all = append(all, j.locals[number].term)
 	}
 	return all
 }
@@ -147,7 +155,7 @@ func (j *judge) checkFunction(n *node, want opened, s scope) {
 		}
 		number := j.newLocal(j.binderType(n.parts[0], j.filled(&pi.term.Args[0], pi.args), s))
 		s = s.with(number)
-		want = pi.with(&pi.term.Args[1], localTerm(number))
+		want = pi.with(&pi.term.Args[1], j.locals[number].term)
 		n = n.parts[1]
 	}
 	j.check(n, want, s)

@@ -5,7 +5,6 @@ import (
 	"slices"
 	"strings"
 	"testing"
-	"time"
 
 	"provekernel/api"
 	"provekernel/kernel"
@@ -101,20 +100,14 @@ func TestMixed(t *testing.T) {
 	for _, c := range parsed(t, world+library) {
 		all.add(&c)
 	}
-	longest, added := time.Duration(0), 0
+	added := 0
 	for seed := range int64(60) {
 		m := newMixer(t, seed)
 		s := libraryState(t)
 		for _, c := range parsed(t, world+library) {
 			text := syntax.Print([]api.Command{m.command(c)})
 			again := parsed(t, text)[0]
-			began := time.Now()
-			err := s.Run(again, []int{0, 1, 10, 100, 3000, 100000}[m.Intn(6)])
-			if took := time.Since(began); took > longest {
-				longest = took
-				t.Log(took, shown(err, 0), len(text))
-			}
-			if err != nil {
+			if err := s.Run(again, []int{0, 1, 10, 100, 3000, 100000}[m.Intn(6)]); err != nil {
 				if code, at := api.Code(err); code <= 0 || at < 0 || at >= len(text) {
 					t.Errorf("%s: %s", text, shown(err, 0))
 				}
@@ -135,7 +128,100 @@ func TestMixed(t *testing.T) {
 	if added < 100 {
 		t.Errorf("only %d are added", added)
 	}
-	t.Log(added, longest)
 }
 
-var _ = strings.Repeat
+// again is a part as often as that, a middle, what closes it as often.
+func again(n int, part, middle, closing string) string {
+	return strings.Repeat(part, n) + middle + strings.Repeat(closing, n)
+}
+
+// Texts that nest deep, or are long, as far as no term has more than 20000 parts: all in them is found.
+func TestLarge(t *testing.T) {
+	for _, text := range []string{
+		"def a : Nat := " + again(9000, "succ (", "id zero", ")") + ".",
+		"def a : Nat := " + again(3000, "id (", "zero", ")") + ".",
+		"def a : List Nat := " + again(2300, "cons zero (", "nil", ")") + ".",
+		"def a : " + again(3000, "Nat -> ", "Nat", "") + " := fun" + again(3000, " x", "", "") + " => x.",
+		"def a : _ := fun" + again(3000, " (x : Nat)", " => x", "") + ".",
+		"def a : " + again(1000, "List Nat -> ", "Nat", "") + " := fun" + again(1000, " x", " => zero", "") + ".",
+		"def a : Nat := " + again(20000, "(", "id zero", " : Nat)") + ".",
+		"def a : Nat := " + again(1000, "let x : _ := succ zero in ", "x", "") + ".",
+		"def a : Nat := let x : Nat := zero in " + again(1000, "let x : _ := succ x in ", "id x", "") + ".",
+		"def a : Nat := " + again(500, "(fun x => ", "zero", ") zero") + ".",
+		"def a : Nat := " + again(2000, "(fun x => x) (", "zero", ")") + ".",
+		"def a : Nat := (fun" + again(60, " x", " => succ x)", "") + again(60, " zero", "", "") + ".",
+		"axiom a.{u} : Sort (" + again(5000, "(max u ", "u", ")") + ") -> List Nat.",
+		"theorem a : " + again(8, "add one (", "one", ")") + " = " + again(9, "succ (", "zero", ")") + " := refl.",
+	} {
+		if _, fault := ran(t, text, 3000); fault != "right" {
+			t.Errorf("%.60s..: %s", text, fault)
+		}
+	}
+}
+
+// Texts that are larger than that, or that no type can be found for: all ends, and no call panics.
+func TestTooLarge(t *testing.T) {
+	more := "inductive Prod (A B : Type) : Type | mk : A -> B -> Prod A B. def twice (n : Nat) : Nat := add n n. "
+	for i, text := range []string{
+		"def a : Nat := " + again(30000, "id (", "zero", ")") + ".",
+		"def a : List Nat := " + again(15000, "cons zero (", "nil", ")") + ".",
+		"def a : " + again(12000, "Nat -> ", "Nat", "") + " := fun" + again(12000, " x", " => x", "") + ".",
+		"def a : Nat := (fun" + again(1000, " x", " => succ x)", "") + again(1000, " zero", "", "") + ".",
+		"axiom a : forall (" + again(1500, "x ", ": _), x = zero", "") + ".",
+		"def a : Nat := id" + again(30000, " zero", "", "") + ".",
+		"def a : Nat := " + again(10000, "(zero : id (", "Nat", "))") + ".",
+		"def a : Nat := let x : _ := zero in " + again(25, "let x : _ := mk x x in ", "zero", "") + ".",
+		"def a : Nat := let x : _ := zero in " + again(1000, "let x : _ := mk x x in ", "zero", "") + ".",
+		"theorem a : " + again(12, "twice (", "one", ")") + " = " + again(12, "twice (", "zero", ")") + " := refl.",
+		"theorem a : Exists (fun n => " + again(12, "twice (", "n", ")") + " = " + again(11, "twice (", "one", ")") + ") := intro _ refl.",
+		"theorem a : Exists (fun n => " + again(100, "add n (", "n", ")") + " = " + again(100, "add zero (", "one", ")") + ") := intro _ refl.",
+		"axiom a:" + again(12000, "forall(a b:", "Nat", "),Nat") + ".",
+		"axiom a:" + again(13, "forall(a b:", "_", "),Nat") + ".",
+		"axiom a:" + again(12000, "forall(a b:", "_", "),Nat") + ".",
+		"def a : Nat := (fun x => x x) (fun x => x x).",
+		"def a : Nat := " + again(1000, "_ (", "zero", ")") + ".",
+		"def a : Nat := _" + again(300, " zero", "", "") + ".",
+		"def a : Nat := _" + again(300, " _", "", "") + ".",
+		"axiom a : " + again(60000, "(", "Nat", ")") + ".",
+		"axiom a : " + again(30000, "_ -> ", "_", "") + ".",
+		"axiom a : " + again(20000, "(_ = ", "_", ")") + ".",
+		"def a : _ := " + again(10000, "fun x => x (", "x", ")") + ".",
+		"axiom a : Sort (" + again(10000, "(imax u ", "u", ")") + ") -> _.",
+		"inductive a (" + again(2000, "x ", ": _) : Type", "") + again(200, " | c : _ -> a", "", "") + ".",
+	} {
+		s := worldState(t)
+		for _, c := range parsed(t, more) {
+			s.Run(c, 1000)
+		}
+		c := parsed(t, text)[0]
+		before := len(s.Env().Decls())
+		if err := s.Run(c, []int{0, 100000}[i%2]); err != nil {
+			if code, at := api.Code(err); code <= 0 || at < 0 || at >= len(text) || len(s.Env().Decls()) != before {
+				t.Errorf("%.60s..: %s", text, shown(err, 0))
+			}
+		}
+	}
+}
+
+// With each fuel from none on a text is added, or there is too little; with more it is not refused again.
+func TestFuel(t *testing.T) {
+	for _, text := range []string{
+		"theorem a : add one one = succ one := refl.", "theorem a : add one one = succ one := @refl.{1} Nat (succ one).", "def a : (fun (A : Type) => A) Nat := id zero.", "theorem a : P (add one (add one one)) := (p : P (succ _)).",
+		"theorem a : forall (n : Nat), add n one = succ n := fun n => refl.",
+	} {
+		enough := false
+		for fuel := range 200 {
+			_, fault := ran(t, text, fuel)
+			if fault != "right" && (enough || fault != "FTired at 0") {
+				t.Errorf("%s with %d steps: %s", text, fuel, fault)
+			}
+			enough = enough || fault == "right"
+		}
+		if !enough {
+			t.Errorf("%s is never added", text)
+		}
+	}
+	if _, fault := ran(t, "def a : Nat := id zero.", -5); fault != "right" {
+		t.Errorf("with less fuel than none: %s", fault)
+	}
+}

@@ -29,6 +29,9 @@ type node struct {
 	made   *api.Term // the term, once it has been asked for where it stands
 }
 
+// roomOfVariable: how much more a variable that is kept with a hole counts than a part of a term that is looked at.
+const roomOfVariable = 4
+
 // scope: the locals that the variables around a node stand for, the outermost first.
 type scope []int
 
@@ -53,7 +56,7 @@ func (j *judge) termOf(n *node, s scope, depth int) *api.Term {
 	j.spend(1)
 	switch n.kind {
 	case variable:
-		return s.variable(n.number, depth)
+		return j.variable(s, n.number, depth)
 	case universe:
 		return &api.Term{Kind: api.Sort, Levels: n.levels}
 	case named:
@@ -78,8 +81,7 @@ func (j *judge) openingOf(n *node, s scope, depth int) *api.Term {
 	if value := j.valueOf(t); value != nil && len(s) == 0 {
 		return value
 	}
-	j.spend(depth)
-	t.Args = s.variables(depth)
+	t.Args = j.variables(s, depth)
 	return t
 }
 
@@ -101,18 +103,19 @@ func (j *judge) binderOf(n *node, s scope, depth int) *api.Term {
 }
 
 // variable is the one that has that many outside of it, with so many around.
-func (s scope) variable(number, depth int) *api.Term {
+func (j *judge) variable(s scope, number, depth int) *api.Term {
 	if number < len(s) {
-		return localTerm(s[number])
+		return j.locals[s[number]].term
 	}
 	return variableTerm(depth - 1 - number)
 }
 
-// variables are all that stand around something, the outermost first.
-func (s scope) variables(depth int) []api.Term {
-	var all []api.Term
-	for number := range depth {
-		all = append(all, *s.variable(number, depth))
+// variables are all that stand around something, the outermost first. They take up much room, where there are many: that counts.
+func (j *judge) variables(s scope, depth int) []api.Term {
+	j.spend(roomOfVariable * depth)
+	all := make([]api.Term, depth)
+	for number := range all {
+		all[number] = *j.variable(s, number, depth)
 	}
 	return all
 }

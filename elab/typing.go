@@ -95,7 +95,7 @@ func (j *judge) anyType(s scope, depth, at int) *api.Term {
 	typ := sortTerm(j.newLevel(at))
 	number := j.newHole(at, depth)
 	j.terms[number].typ = typ
-	return holeTerm(number, s.variables(depth))
+	return holeTerm(number, j.variables(s, depth))
 }
 
 func (j *judge) applicationType(t *api.Term) (*api.Term, bool) {
@@ -120,8 +120,8 @@ func (j *judge) lamType(t *api.Term) (*api.Term, bool) {
 	var numbers []int
 	var locals []*api.Term
 	for ; tree.Is(t, api.Lam); t = &t.Args[1] {
-		numbers = append(numbers, j.newLocal(j.filled(&t.Args[0], locals)))
-		locals = append(locals, localTerm(numbers[len(numbers)-1]))
+		number := j.newLocal(j.filled(&t.Args[0], locals))
+		numbers, locals = append(numbers, number), append(locals, j.locals[number].term)
 	}
 	typ, ok := j.typeOf(j.filled(t, locals))
 	if !ok {
@@ -140,7 +140,7 @@ func (j *judge) piType(t *api.Term) (*api.Term, bool) {
 			return nil, false
 		}
 		levels = append(levels, l)
-		locals = append(locals, localTerm(j.newLocal(typ)))
+		locals = append(locals, j.newVariable(typ))
 	}
 	last, ok := j.levelOf(j.filled(t, locals))
 	return sortTerm(folded(levels, last)), ok
