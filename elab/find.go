@@ -66,11 +66,12 @@ func (j *judge) fillIn(a, t *api.Term) verdict {
 	body, v := j.closed(number, t, locals)
 	if v != done {
 		// what the hole may not have may vanish by steps
+		j.refresh()
 		form, _, err := j.env.Normal(*t, j.fuel)
 		if err != nil {
 			return v
 		}
-		if body, v = j.closed(number, j.solved(&form), locals); v != done {
+		if body, v = j.closed(number, &form, locals); v != done {
 			return v
 		}
 	}

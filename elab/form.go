@@ -60,26 +60,21 @@ func (j *judge) moves(name string) bool {
 	return known.moves
 }
 
-// whnf is the weak head normal form of a term: the term itself, if it is one already. The values of lets know nothing of what has
-// been found since: where they bring that in, what comes of it is looked at again.
+// whnf is the weak head normal form of a term: the term itself, if it is one already.
 func (j *judge) whnf(t *api.Term) *api.Term {
 	t = j.headed(t)
-	for !j.inForm(t) {
-		t = j.solved(t)
-		made, steps, err := j.env.Whnf(*t, j.fuel)
-		pass(err)
-		j.spend(steps + tree.Parts(&made))
-		if j.same(&made, t) {
-			return t
-		}
-		t = &made
-		found := j.solved(t)
-		if found == t {
-			return t
-		}
-		t = found
+	if j.inForm(t) {
+		return t
 	}
-	return t
+	t = j.solved(t)
+	j.refresh()
+	made, steps, err := j.env.Whnf(*t, j.fuel)
+	pass(err)
+	j.spend(steps + tree.Parts(&made))
+	if j.same(&made, t) {
+		return t
+	}
+	return &made
 }
 
 // isBlocked tells whether a weak head normal form is one only because something has not been found yet.
@@ -124,6 +119,7 @@ func (j *judge) same(a, b *api.Term) bool {
 // equal tells whether two terms in which nothing is left open are equal.
 func (j *judge) equal(a, b *api.Term) bool {
 	j.spend(tree.Parts(a) + tree.Parts(b) + j.fuel/64)
+	j.refresh()
 	equal, err := j.env.Equal(*a, *b, j.fuel)
 	pass(err)
 	return equal

@@ -37,6 +37,19 @@ func TestFound(t *testing.T) {
 			"(lam (pi (const Nat) (pi (const Nat) (app (app (app (const Eq (s 0)) (const Nat)) (app (app (const add) #1) #0)) (const zero)))) (app (app (const f) (lam (const Nat) (lam (const Nat) (app (app (app (const Eq (s 0)) (const Nat)) (app (app (const add) #0) #1)) (const zero))))) #0))"},
 		{"", "Prop", "forall (A : Type) (f : _), f = (fun (x : A) => x)", "(pi (sort (s 0)) (pi (pi #0 #1) (app (app (app (const Eq (imax (s 0) (s 0))) (pi #1 #2)) #0) (lam #1 #0))))"},
 		{"", "Nat", "(fun g => g zero) (fun x => x)", "(app (lam (pi (const Nat) (const Nat)) (app #0 (const zero))) (lam (const Nat) #0))"},
+		// what stands for a value, and what has been left open in that
+		{"", "one = one", "let n : Nat := _ in (refl : n = one)", "(let (const Nat) (app (const succ) (const zero)) (app (app (const refl (s 0)) (const Nat)) #0))"},
+		{"", "one = one", "let n : Nat := succ _ in (refl : n = one)", "(let (const Nat) (app (const succ) (const zero)) (app (app (const refl (s 0)) (const Nat)) #0))"},
+		{"", "Vec Nat one", "let n : _ := id _ in (fun (v : Vec Nat n) => (v : Vec Nat one)) (vcons zero vnil)", "(let (const Nat) (app (app (const id (s 0)) (const Nat)) (app (const succ) (const zero))) (app (lam (app (app (const Vec) (const Nat)) #0) #0) (app (app (app (app (const vcons) (const Nat)) (const zero)) (const zero)) (app (const vnil) (const Nat)))))"},
+		{"", "one = one", "let n : Nat := _ in let m : Nat := succ n in (refl : m = one)", "(let (const Nat) (const zero) (let (const Nat) (app (const succ) #0) (app (app (const refl (s 0)) (const Nat)) #0)))"},
+		{"", "one = one", "(let x : Nat := one in (fun (h : x = x) => h)) refl", "(app (let (const Nat) (const one) (lam (app (app (app (const Eq (s 0)) (const Nat)) #0) #0) #0)) (app (app (const refl (s 0)) (const Nat)) (const one)))"},
+		{"", "Nat", "(let f : _ := succ in f) zero", "(app (let (pi (const Nat) (const Nat)) (const succ) #0) (const zero))"},
+		// eta
+		{"axiom R : (Nat -> Nat) -> Prop. axiom F : Nat -> Nat -> Nat. axiom f {n : Nat} (h : R (fun x => F n x)) : Nat.", "R (F one) -> Nat", "fun h => f h", "(lam (app (const R) (app (const F) (const one))) (app (app (const f) (const one)) #0))"},
+		{"axiom R : (Nat -> Nat) -> Prop. axiom F : Nat -> Nat -> Nat. axiom f {n : Nat} (h : R (F n)) : Nat.", "R (fun x => F one x) -> Nat", "fun h => f h", "(lam (app (const R) (lam (const Nat) (app (app (const F) (const one)) #0))) (app (app (const f) (const one)) #0))"},
+		// what a hole may not have vanishes by steps
+		{"axiom k {A : Type} (f : Nat -> A) : A.", "(forall (n : Nat), (fun (m : Nat) => Nat) n) -> Nat", "fun v => k v", "(lam (pi (const Nat) (app (lam (const Nat) (const Nat)) #0)) (app (app (const k) (const Nat)) #0))"},
+		{"axiom k {A : Type} (f : Nat -> A) : A.", "Nat", "(fun x => x) (k (fun n => (n : (fun (m : Nat) => Nat) n)))", "(app (lam (const Nat) #0) (app (app (const k) (const Nat)) (lam (const Nat) #0)))"},
 		// same heads first
 		{"axiom f {n : Nat} (h : P (any n)) : P n.", "P (any one) -> P one", "fun h => f h", "(lam (app (const P) (app (const any) (const one))) (app (app (const f) (const one)) #0))"},
 		{"axiom f {n : Nat} (h : P (any n)) : Nat.", "P (any one) -> Nat", "fun h => f h", "(lam (app (const P) (app (const any) (const one))) (app (app (const f) (const one)) #0))"},
@@ -77,6 +90,7 @@ func TestGuessed(t *testing.T) {
 
 // Levels that are not given are found: as one that must be the same, as one of which a successor is told.
 func TestFoundLevels(t *testing.T) {
+	more := "inductive W.{u, v} (A : Sort (u+1)) (B : A -> Sort (v+1)) : Sort (max (u+1) (v+1)) | sup : forall (a : A), (B a -> W A B) -> W A B. "
 	for _, c := range [][2]string{
 		{"def a : Type := id Nat.", "(def a () (sort (s 0)) (app (app (const id (s (s 0))) (sort (s 0))) (const Nat)))"},
 		{"def a.{u} (A : Sort u) (x : A) : A := id x.", "(def a (u) (pi (sort u) (pi #0 #1)) (lam (sort u) (lam #0 (app (app (const id u) #1) #0))))"},
@@ -93,9 +107,17 @@ func TestFoundLevels(t *testing.T) {
 		{"def a : Nat := @id.{1} _ zero.", "(def a () (const Nat) (app (app (const id (s 0)) (const Nat)) (const zero)))"},
 		{"def a.{u} : Sort (u+1) := id.{u+2} (Sort u).", "(def a (u) (sort (s u)) (app (app (const id (s (s u))) (sort (s u))) (sort u)))"},
 		{"theorem a : zero = zero -> zero = zero := fun h => Eq.rec Nat zero (fun x e => x = zero) refl zero h.", "(def a () (pi (app (app (app (const Eq (s 0)) (const Nat)) (const zero)) (const zero)) (app (app (app (const Eq (s 0)) (const Nat)) (const zero)) (const zero))) (lam (app (app (app (const Eq (s 0)) (const Nat)) (const zero)) (const zero)) (app (app (app (app (app (app (const Eq.rec 0 (s 0)) (const Nat)) (const zero)) (lam (const Nat) (lam (app (app (app (const Eq (s 0)) (const Nat)) (const zero)) #0) (app (app (app (const Eq (s 0)) (const Nat)) #1) (const zero))))) (app (app (const refl (s 0)) (const Nat)) (const zero))) (const zero)) #0)))"},
+		{"def a : Type 1 := List (W Type (fun x => Nat)).", "(def a () (sort (s (s 0))) (app (const List (s 0)) (app (app (const W (s 0) 0) (sort (s 0))) (lam (sort (s 0)) (const Nat)))))"},
+		{"def a.{u, v} (A : Sort (u+1)) (B : Sort (v+1)) : Sort (imax (u+1) (v+1)) := List (A -> B).", "(def a (u v) (pi (sort (s u)) (pi (sort (s v)) (sort (imax (s u) (s v))))) (lam (sort (s u)) (lam (sort (s v)) (app (const List (max u v)) (pi #1 #1)))))"},
+		{"axiom f.{u} (A : Sort u) : Prop. axiom a.{u} (A : Sort (max 0 (u+1))) : f (List A).", "(axiom a (u) (pi (sort (max 0 (s u))) (app (const f (s u)) (app (const List u) #0))))"},
+		{"axiom f.{u} (A : Sort u) : Prop. axiom a.{u} (A : Sort (max (u+1) 0)) : f (List A).", "(axiom a (u) (pi (sort (max (s u) 0)) (app (const f (s u)) (app (const List u) #0))))"},
+		{"axiom f.{u} (A : Sort u) : Prop. axiom a.{u} (A : Sort (imax 0 (max (u+1) (u+1)))) : f (List A).", "(axiom a (u) (pi (sort (imax 0 (max (s u) (s u)))) (app (const f (s u)) (app (const List u) #0))))"},
+		{"axiom f.{u} (A : Sort u) : Prop. axiom a.{u, v} (A : Sort (imax (v+1) (max (u+2) (u+1)))) : f (List A).", "(axiom a (u v) (pi (sort (imax (s v) (max (s (s u)) (s u)))) (app (const f (s (max v (max (s u) u)))) (app (const List (max v (max (s u) u))) #0))))"},
+		{"axiom f.{u, v} (A : Sort (max u v)) : Prop. def a (A : Prop) : Prop := f A.", "(def a () (pi (sort 0) (sort 0)) (lam (sort 0) (app (const f 0 0) #0)))"},
+		{"axiom f.{u, v} (A : Sort (imax u v)) (B : Sort u) : Prop. def a (A : Prop) : Prop := f A Nat.", "(def a () (pi (sort 0) (sort 0)) (lam (sort 0) (app (app (const f (s 0) 0) #0) (const Nat))))"},
 		{"axiom f.{u} (A : Sort u) : Prop. axiom a : forall (A : Prop), f A -> f (A -> A) -> f (forall (B : Prop), B).", "(axiom a () (pi (sort 0) (pi (app (const f 0) #0) (pi (app (const f (imax 0 0)) (pi #1 #2)) (app (const f (imax (s 0) 0)) (pi (sort 0) #0))))))"},
 	} {
-		becomes(t, c[0], c[1])
+		becomes(t, more+c[0], c[1])
 	}
 }
 

@@ -28,6 +28,7 @@ type holes struct {
 	terms  []hole
 	levels []levelHole
 	trail  []finding // what has been found, in order
+	turns  int       // how often something has been found or taken back
 	trials int       // how many trials are going on, that may be taken back
 }
 
@@ -47,12 +48,14 @@ func (h *holes) newLevel(at int) api.Level {
 func (h *holes) fill(number int, value *api.Term) {
 	h.terms[number].value = value
 	h.trail = append(h.trail, finding{false, number})
+	h.turns++
 }
 
 // fillLevel fills a level in.
 func (h *holes) fillLevel(number int, value *api.Level) {
 	h.levels[number].value = value
 	h.trail = append(h.trail, finding{true, number})
+	h.turns++
 }
 
 // takeBack empties what has been found since the trail had that length.
@@ -65,6 +68,7 @@ func (h *holes) takeBack(length int) {
 		}
 	}
 	h.trail = h.trail[:length]
+	h.turns++
 }
 
 // holeNumber is the number of a hole; false: the term is none.
@@ -154,11 +158,14 @@ func (j *judge) hasHole(t *api.Term, number int) bool {
 	return stands
 }
 
-// firstHole is a place where something is left open in a term that is solved; false: nothing is.
+// firstHole is a place where something is left open in a term that is solved, or in what its lets stand for; false: nothing is.
 func (j *judge) firstHole(t *api.Term) (at int, ok bool) {
 	j.spend(1)
 	if number, isHole := holeNumber(t); isHole {
 		return j.terms[number].at, true
+	}
+	if number, isLocal := localNumber(t); isLocal && j.locals[number].value != nil {
+		return j.firstHole(j.solved(j.locals[number].value))
 	}
 	for i := range t.Levels {
 		if at, ok := j.firstLevel(&t.Levels[i]); ok {

@@ -14,7 +14,8 @@ const mostWork = 1 << 26
 type local struct {
 	term  *api.Term
 	typ   *api.Term
-	isLet bool // it has a value, that the judge's environment knows
+	isLet bool      // it has a value, that the judge's environment knows
+	value *api.Term // of a let in whose value something is left open
 }
 
 // judge finds what is left open in a text, so that the whole has a type. It throws the first fault that it meets.
@@ -23,7 +24,9 @@ type judge struct {
 	budget
 	state   *State
 	env     *reduce.Env // what has been added, and lets
-	lets    bool        // whether it has some already
+	hasLets bool        // whether it has some already
+	open    []int       // lets in whose values something is left open
+	known   int         // how often something had been found, or taken back, when their values were put there
 	fuel    int
 	locals  []local
 	waiting []claim
@@ -60,13 +63,42 @@ func (j *judge) newVariable(typ *api.Term) *api.Term {
 func (j *judge) newLet(typ, value *api.Term) int {
 	number := j.newLocal(typ)
 	j.locals[number].isLet = true
-	d := api.Decl{Kind: api.Def, Name: j.locals[number].term.Name, Type: *typ, Value: *value}
-	if j.lets {
-		j.env.Put(d, nil, api.Term{})
-	} else {
-		j.env, j.lets = j.env.With(d), true
+	value = j.solved(value)
+	j.putLet(number, value)
+	if j.hasHoles(value) {
+		j.locals[number].value = value
+		j.open = append(j.open, number)
 	}
 	return number
+}
+
+// putLet tells the environment what a let stands for.
+func (j *judge) putLet(number int, value *api.Term) {
+	d := api.Decl{Kind: api.Def, Name: j.locals[number].term.Name, Value: *value}
+	if j.hasLets {
+		j.env.Put(d, nil, api.Term{})
+	} else {
+		j.env, j.hasLets = j.env.With(d), true
+	}
+}
+
+// refresh tells the environment what has been found, or taken back, in the values of lets: whatever takes steps asks for it.
+func (j *judge) refresh() {
+	if len(j.open) == 0 || j.known == j.turns {
+		return
+	}
+	j.known = j.turns
+	var open []int
+	for _, number := range j.open {
+		value := j.solved(j.locals[number].value)
+		j.putLet(number, value)
+		if j.trials > 0 || j.hasHoles(value) {
+			open = append(open, number)
+		} else {
+			j.locals[number].value = nil
+		}
+	}
+	j.open = open
 }
 
 // newType makes a hole for a type in that scope.

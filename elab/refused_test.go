@@ -79,6 +79,9 @@ func TestNotFound(t *testing.T) {
 		{"theorem a : forall (n : Nat), add zero n = n := fun n => ||refl.", "FArg"}, {"def a : Prop := high ||Nat.", "FArg"}, {"def a.{u} (A : Sort u) : Prop := high ||A.", "FArg"}, {"def a : Nat := ||id.{2} zero.", ""},
 		{"def a : Nat := (zero : ||zero).", "FSort"}, {"def a : Nat := ||id zero zero.", "FFun"}, {"axiom a (n : id zero) : Nat.", ""}, {"def a : Nat -> Nat := fun (x : ||id zero) => x.", "FSort"},
 		{"def a : Nat := (fun x => ||x x) zero.", ""}, {"def a : Nat := (fun x => ||x zero x) id.", ""}, {"theorem a : Exists (fun x => x = succ x) := intro zero ||refl.", "FArg"},
+		{"axiom s.{u} (A : Sort u) (B : Sort (u+1)) : Prop. axiom a : forall (A : _), s A A.", ""}, {"axiom f.{u, v} (A : Sort (imax u v)) : Prop. def a (A : Prop) : Prop := ||f A.", "FStuck"}, {"axiom k {A : Type} (f : Nat -> A) : A. def a (v : forall (n : Nat), Vec Nat n) : Nat := id (||k v).", ""},
+		{"axiom f.{u, v} (A : Sort (max u v)) : Prop. def a : Prop := ||f Nat.", "FStuck"}, {"def a : Nat := let n : Nat := ||_ in zero.", "FStuck"}, {"theorem a : one = one := let n : Nat := zero in (||refl : n = one).", "FArg"}, {"def a : Nat := (_ : (zero = zero) = zero).", ""},
+		{"theorem a : Exists (fun f => f = succ) := intro zero ||refl.", ""}, {"def a (A : Sort (max b (max c (max d (max e (max f (max g (max h (max i (max j (max k (max l (max m n))))))))))))) (B : Sort (max n (max m (max l (max k (max j (max i (max h (max g (max f (max e (max d (max c b))))))))))))) : Prop := A = B.", ""},
 		{"def a : (forall (x : Nat), Vec Nat x) -> Nat := fun f => ||id (f : forall (x : Nat), Vec Nat zero).", ""},
 	} {
 		if c[1] != "" {

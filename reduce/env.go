@@ -54,7 +54,11 @@ func (e *Env) Copy() *Env {
 	if e == nil {
 		return New()
 	}
-	return &Env{decls: slices.Clone(e.decls), known: maps.Clone(e.known), outer: e.outer}
+	c := &Env{decls: slices.Clone(e.decls), known: maps.Clone(e.known)}
+	if e.outer != nil {
+		c.outer = e.outer.Copy()
+	}
+	return c
 }
 
 // Recursor is the name of a family's recursor.

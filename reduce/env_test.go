@@ -320,3 +320,35 @@ func TestRecursorsName(t *testing.T) {
 		t.Errorf("Recursor(Nat) = %s", got)
 	}
 }
+
+// A copy knows what there is; what is put into one of the two the other does not know.
+func TestCopy(t *testing.T) {
+	e := New()
+	if c := e.Copy(); len(c.Decls()) != 0 || c.Known("a") {
+		t.Error("a copy of what is empty knows something")
+	}
+	axiom := func(name string) api.Decl {
+		return api.Decl{Kind: api.Axiom, Name: name, Type: api.Term{Kind: api.Sort, Levels: []api.Level{{}}}}
+	}
+	for _, isWithin := range []bool{false, true} {
+		e := New()
+		e.Put(axiom("a"), nil, api.Term{})
+		first, count := e, 1
+		if isWithin {
+			first, count = e.With(axiom("b")), 2
+		}
+		c := first.Copy()
+		c.Put(axiom("c"), nil, api.Term{})
+		e.Put(axiom("d"), nil, api.Term{})
+		if !c.Known("a") || c.Known("b") != isWithin || !c.Known("c") || c.Known("d") || len(c.Decls()) != count+1 {
+			t.Errorf("the copy knows %v", c.Decls())
+		}
+		if !first.Known("a") || first.Known("c") || !first.Known("d") || len(first.Decls()) != count+1 {
+			t.Errorf("what was copied knows %v", first.Decls())
+		}
+	}
+	var none *Env
+	if c := none.Copy(); c == nil || len(c.Decls()) != 0 {
+		t.Error("a copy of nothing is none")
+	}
+}
