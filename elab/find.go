@@ -185,7 +185,7 @@ func (c *closing) leaf(r *change, leaf *api.Term, binders int) *api.Term {
 		c.refuse()
 		return leaf
 	}
-	return c.hole(r, c.pruned(other, leaf), binders)
+	return c.hole(r, leaf, binders)
 }
 
 // refuse notes that something stands there that may not.
@@ -207,58 +207,4 @@ func (c *closing) hole(r *change, t *api.Term, binders int) *api.Term {
 	}
 	c.within--
 	return &made
-}
-
-// pruned is a hole without those locals that may not stand there: it cannot hang on them. It is another one, that is filled in.
-func (c *closing) pruned(number int, t *api.Term) *api.Term {
-	if c.within > 0 {
-		return t
-	}
-	var kept []int
-	for i := range t.Args {
-		local, ok := localNumber(c.headed(&t.Args[i]))
-		if _, may := c.places[local]; !ok || may {
-			kept = append(kept, i)
-		}
-	}
-	if len(kept) == len(t.Args) {
-		return t
-	}
-	return c.fewer(number, t, kept)
-}
-
-// fewer is a hole that hangs on these of its variables alone.
-func (j *judge) fewer(number int, t *api.Term, kept []int) *api.Term {
-	old := j.terms[number]
-	var typ *api.Term
-	if old.typ != nil {
-		typ = j.withFewer(old.typ, old.arity, kept)
-	}
-	made := j.newHole(old.at, len(kept))
-	j.terms[made].typ = typ
-	var variables, args []api.Term
-	for _, i := range kept {
-		variables = append(variables, *variableTerm(old.arity - 1 - i))
-		args = append(args, t.Args[i])
-	}
-	j.fill(number, holeTerm(made, variables))
-	return holeTerm(made, args)
-}
-
-// withFewer is a term of so many variables that has these alone; nil: others stand in it.
-func (j *judge) withFewer(t *api.Term, arity int, kept []int) *api.Term {
-	others := false
-	c := change{budget: &j.budget, put: func(leaf *api.Term, binders int) *api.Term {
-		if leaf.Kind != api.Var || leaf.N < binders {
-			return nil
-		}
-		place, ok := slices.BinarySearch(kept, arity-1-(leaf.N-binders))
-		others = others || !ok
-		return variableTerm(len(kept) - 1 - place + binders)
-	}}
-	made := c.under(j.solved(t), 0)
-	if others {
-		return nil
-	}
-	return made
 }

@@ -50,6 +50,12 @@ func TestFound(t *testing.T) {
 		// what a hole may not have vanishes by steps
 		{"axiom k {A : Type} (f : Nat -> A) : A.", "(forall (n : Nat), (fun (m : Nat) => Nat) n) -> Nat", "fun v => k v", "(lam (pi (const Nat) (app (lam (const Nat) (const Nat)) #0)) (app (app (const k) (const Nat)) #0))"},
 		{"axiom k {A : Type} (f : Nat -> A) : A.", "Nat", "(fun x => x) (k (fun n => (n : (fun (m : Nat) => Nat) n)))", "(app (lam (const Nat) #0) (app (app (const k) (const Nat)) (lam (const Nat) #0)))"},
+		{"axiom R : Nat -> Nat -> Prop. axiom q : forall (n : Nat), R n n.", "Nat", "all q", "(app (app (const all) (lam (const Nat) (app (app (const R) #0) #0))) (const q))"},
+		{"axiom R : Nat -> Nat -> Prop.", "forall (m : Nat), (forall (n : Nat), R m n) -> Nat", "fun m q => all q", "(lam (const Nat) (lam (pi (const Nat) (app (app (const R) #1) #0)) (app (app (const all) (app (const R) #1)) #0)))"},
+		{"axiom R : (Nat -> Nat) -> Nat -> Prop.", "(forall (n : Nat), R (fun k => add k n) n) -> Nat", "fun q => all q", "(lam (pi (const Nat) (app (app (const R) (lam (const Nat) (app (app (const add) #0) #1))) #0)) (app (app (const all) (lam (const Nat) (app (app (const R) (lam (const Nat) (app (app (const add) #0) #1))) #0))) #0))"},
+		{"axiom k {A : Type} (f : Nat -> A) : A.", "Nat -> Nat", "k add", "(app (app (const k) (pi (const Nat) (const Nat))) (const add))"},
+		{"axiom k {A : Type} (f : Nat -> A) : A.", "Nat", "k add zero", "(app (app (app (const k) (pi (const Nat) (const Nat))) (const add)) (const zero))"},
+		{"", "forall (A : Type) (a : A), a = a", "fun A a => let f : A -> A := fun x => x in (fun (h : f = (fun (x : A) => x)) => (refl : f a = a)) refl", "(lam (sort (s 0)) (lam #0 (let (pi #1 #2) (lam #1 #0) (app (lam (app (app (app (const Eq (imax (s 0) (s 0))) (pi #2 #3)) #0) (lam #2 #0)) (app (app (const refl (s 0)) #3) (app #1 #2))) (app (app (const refl (imax (s 0) (s 0))) (pi #2 #3)) #0)))))"},
 		// same heads first
 		{"axiom f {n : Nat} (h : P (any n)) : P n.", "P (any one) -> P one", "fun h => f h", "(lam (app (const P) (app (const any) (const one))) (app (app (const f) (const one)) #0))"},
 		{"axiom f {n : Nat} (h : P (any n)) : Nat.", "P (any one) -> Nat", "fun h => f h", "(lam (app (const P) (app (const any) (const one))) (app (app (const f) (const one)) #0))"},
@@ -59,6 +65,7 @@ func TestFound(t *testing.T) {
 		{"axiom f {n : Nat} (h : P (succ n)) : Nat.", "forall (a : Nat), P (add a one) -> Nat", "fun a h => f h", "(lam (const Nat) (lam (app (const P) (app (app (const add) #0) (const one))) (app (app (const f) (app (app (app (app (const Nat.rec (s 0)) (lam (const Nat) (const Nat))) #1) (lam (const Nat) (lam (app (lam (const Nat) (const Nat)) #0) (app (const succ) #0)))) (const zero))) #0)))"},
 		{"", "Not (zero = zero) -> Not (zero = zero)", "fun h e => h e", "(lam (app (const Not) (app (app (app (const Eq (s 0)) (const Nat)) (const zero)) (const zero))) (lam (app (app (app (const Eq (s 0)) (const Nat)) (const zero)) (const zero)) (app #1 #0)))"},
 		{"", "P (add one one)", "(p : P (succ _))", "(app (const p) (app (const succ) (app (app (app (app (const Nat.rec (s 0)) (lam (const Nat) (const Nat))) (const one)) (lam (const Nat) (lam (app (lam (const Nat) (const Nat)) #0) (app (const succ) #0)))) (const zero))))"},
+		{"def plus (m n : Nat) : Nat := Nat.rec (fun x => Nat) m (fun k r => succ r) n. axiom f {m n : Nat} (h : P (add m n)) : Nat.", "forall (a b : Nat), P (plus a b) -> Nat", "fun a b h => f h", "(lam (const Nat) (lam (const Nat) (lam (app (const P) (app (app (const plus) #1) #0)) (app (app (app (const f) #2) #1) #0))))"},
 		// what waits
 		{"axiom f {Q : Nat -> Prop} (n : Nat) (h : Q n) (g : Exists Q) : Nat.", "Exists P -> Nat", "fun e => f one p e", "(lam (app (app (const Exists (s 0)) (const Nat)) (const P)) (app (app (app (app (const f) (const P)) (const one)) (app (const p) (const one))) #0))"},
 		{"axiom f {n : Nat} (h : P (add zero n)) (v : Vec Nat n) : Nat.", "P one -> Vec Nat one -> Nat", "fun h v => f h v", "(lam (app (const P) (const one)) (lam (app (app (const Vec) (const Nat)) (const one)) (app (app (app (const f) (const one)) #1) #0)))"},
@@ -76,6 +83,8 @@ func TestGuessed(t *testing.T) {
 		{"", "Nat", "(fun x y z => y) zero one nil.{0}", ""},
 		{"", "Nat", "(fun x y z => x) zero one (refl : one = one)", "(app (app (app (lam (const Nat) (lam (const Nat) (lam (app (app (app (const Eq (s 0)) (const Nat)) (const one)) (const one)) #2))) (const zero)) (const one)) (app (app (const refl (s 0)) (const Nat)) (const one)))"},
 		{"axiom f {A : Type} : A.", "Nat", "f zero", "(app (app (const f) (pi (const Nat) (const Nat))) (const zero))"},
+		{"axiom f {F : Nat -> Type} (a : F zero) (h : F zero -> F one) (b : F one) : Nat.", "Nat", "f zero id one", "(app (app (app (app (const f) (lam (const Nat) (const Nat))) (const zero)) (app (const id (s 0)) (app (lam (const Nat) (const Nat)) (const zero)))) (const one))"},
+		{"axiom f {F : Nat -> Nat -> Nat -> Type} (n : Nat) (a : F n one n) : Nat.", "forall (x : Nat), Vec Nat x -> Nat", "fun x v => f x v", "(lam (const Nat) (lam (app (app (const Vec) (const Nat)) #0) (app (app (app (const f) (lam (const Nat) (lam (const Nat) (app (const Vec) (const Nat))))) #1) #0)))"},
 		{"axiom f {Q : Nat -> Prop} (n : Nat) (h : Q n) : Nat.", "Nat", "f zero (p : P zero)", "(app (app (app (const f) (const P)) (const zero)) (app (const p) (const zero)))"},
 		{"axiom f {Q : Nat -> Prop} (n : Nat) (h : Q n) : Nat.", "forall (x : Nat), P x -> Nat", "fun x h => f x h", "(lam (const Nat) (lam (app (const P) #0) (app (app (app (const f) (const P)) #1) #0)))"},
 		{"", "forall (A B : Prop), And A B -> And B A", "fun A B h => And.rec _ _ _ (fun a b => both b a) h", "(lam (sort 0) (lam (sort 0) (lam (app (app (const And) #1) #0) (app (app (app (app (app (const And.rec 0) #2) #1) (lam (app (app (const And) #2) #1) (app (app (const And) #2) #3))) (lam #2 (lam #2 (app (app (app (app (const both) #3) #4) #0) #1)))) #0))))"},

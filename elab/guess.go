@@ -14,20 +14,14 @@ func (j *judge) guess() {
 		claims := j.waiting
 		j.waiting, guessed = nil, false
 		for _, c := range claims {
-			if j.isGuessed(c) {
+			j.place = c.at
+			if j.guessFits(c.a, c.b) {
 				guessed = true
 			} else {
 				j.waiting = append(j.waiting, c)
 			}
 		}
 	}
-}
-
-// isGuessed fills in something that a claim asks for; false: there is no way.
-func (j *judge) isGuessed(c claim) bool {
-	j.place = c.at
-	found := len(j.trail)
-	return j.tried(func() bool { return j.guessFits(c.a, c.b) && len(j.trail) > found })
 }
 
 // guessFits is fits of terms that wait: a hole that is applied to something is taken for the function that the other one applies,
@@ -37,13 +31,18 @@ func (j *judge) guessFits(a, b *api.Term) bool {
 	if !j.isOpen(a) && !j.isOpen(b) {
 		return false
 	}
-	if tree.Is(a, api.App) && tree.Is(b, api.App) {
-		parts := func() bool { return j.fits(&a.Args[0], &b.Args[0]) && j.fits(&a.Args[1], &b.Args[1]) }
-		if j.tried(parts) {
-			return true
-		}
+	return j.partsGuessed(a, b) || j.looselyFilled(a, b) || j.looselyFilled(b, a)
+}
+
+// partsGuessed holds the functions and the arguments of two applications against one another; false: nothing is found by that.
+func (j *judge) partsGuessed(a, b *api.Term) bool {
+	if !tree.Is(a, api.App) || !tree.Is(b, api.App) {
+		return false
 	}
-	return j.looselyFilled(a, b) || j.looselyFilled(b, a)
+	found := len(j.trail)
+	return j.tried(func() bool {
+		return j.fits(&a.Args[0], &b.Args[0]) && j.fits(&a.Args[1], &b.Args[1]) && len(j.trail) > found
+	})
 }
 
 // looselyFilled makes a hole a term, as if it hung on nothing but the different variables that it is applied to.
@@ -83,4 +82,40 @@ func (j *judge) loosened(a *api.Term) (*api.Term, bool) {
 	}
 	slices.Reverse(kept)
 	return applyTo(j.fewer(number, head, kept), made), true
+}
+
+// fewer is a hole that hangs on these of its variables alone.
+func (j *judge) fewer(number int, t *api.Term, kept []int) *api.Term {
+	old := j.terms[number]
+	var typ *api.Term
+	if old.typ != nil {
+		typ = j.withFewer(old.typ, old.arity, kept)
+	}
+	made := j.newHole(old.at, len(kept))
+	j.terms[made].typ = typ
+	var variables, args []api.Term
+	for _, i := range kept {
+		variables = append(variables, *variableTerm(old.arity - 1 - i))
+		args = append(args, t.Args[i])
+	}
+	j.fill(number, holeTerm(made, variables))
+	return holeTerm(made, args)
+}
+
+// withFewer is a term of so many variables that has these alone; nil: others stand in it.
+func (j *judge) withFewer(t *api.Term, arity int, kept []int) *api.Term {
+	others := false
+	c := change{budget: &j.budget, put: func(leaf *api.Term, binders int) *api.Term {
+		if leaf.Kind != api.Var || leaf.N < binders {
+			return nil
+		}
+		place, ok := slices.BinarySearch(kept, arity-1-(leaf.N-binders))
+		others = others || !ok
+		return variableTerm(len(kept) - 1 - place + binders)
+	}}
+	made := c.under(j.solved(t), 0)
+	if others {
+		return nil
+	}
+	return made
 }

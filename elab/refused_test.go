@@ -77,6 +77,8 @@ func TestNotFound(t *testing.T) {
 		{"def a : Nat := (zero : (fun (A : Type) => Nat) ||_).", "FStuck"}, {"axiom f.{u} : Prop. axiom a : (f : (fun (x : ||Exists) => Prop) f) -> Prop.", ""},
 		{"def a : Nat := id ||succ.", "FArg"}, {"theorem a : zero = one := ||refl.", "FArg"}, {"def a : List Nat := cons ||nil nil.", "FArg"}, {"def a : Nat := (||zero : Prop).", "FArg"}, {"def a : Nat := ||(zero : id (id Nat)) nil.", ""},
 		{"theorem a : forall (n : Nat), add zero n = n := fun n => ||refl.", "FArg"}, {"def a : Prop := high ||Nat.", "FArg"}, {"def a.{u} (A : Sort u) : Prop := high ||A.", "FArg"}, {"def a : Nat := ||id.{2} zero.", ""},
+		{"axiom f {Q : Nat -> Prop} (n : Nat) (h : Q n) (g : Exists Q) : Nat. def a (e : Exists P) : Nat := f one ||(p : P zero) e.", "FArg"}, {"def U.{u} : Sort (u+2) := Sort (u+1). def a (A : U.{0}) : U.{0} := (||A : U.{1}).", "FArg"},
+		{"axiom f {m n : Nat} (h : P (add m (succ n))) (v : Vec Nat n) : Nat. def a (h : P (add zero one)) (v : Vec Nat one) : Nat := f h ||v.", "FArg"},
 		{"def a : Nat := (zero : ||zero).", "FSort"}, {"def a : Nat := ||id zero zero.", "FFun"}, {"axiom a (n : id zero) : Nat.", ""}, {"def a : Nat -> Nat := fun (x : ||id zero) => x.", "FSort"},
 		{"def a : Nat := (fun x => ||x x) zero.", ""}, {"def a : Nat := (fun x => ||x zero x) id.", ""}, {"theorem a : Exists (fun x => x = succ x) := intro zero ||refl.", "FArg"},
 		{"axiom s.{u} (A : Sort u) (B : Sort (u+1)) : Prop. axiom a : forall (A : _), s A A.", ""}, {"axiom f.{u, v} (A : Sort (imax u v)) : Prop. def a (A : Prop) : Prop := ||f A.", "FStuck"}, {"axiom k {A : Type} (f : Nat -> A) : A. def a (v : forall (n : Nat), Vec Nat n) : Nat := id (||k v).", ""},
