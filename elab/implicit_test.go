@@ -36,6 +36,8 @@ func TestImplicitArguments(t *testing.T) {
 		{"axiom f : (forall {A : Type}, A -> A : Type 1).", "Nat", "f Nat zero", "(app (app (const f) (const Nat)) (const zero))"},
 		{"axiom f (n : Nat) : (forall {A : Type}, A -> A : Type 1).", "Nat", "f zero Nat zero", "(app (app (app (const f) (const zero)) (const Nat)) (const zero))"},
 		{"axiom f {n : Nat} (m : n = zero) : (forall {A : Type}, A : Type 1).", "Nat", "f refl Nat", "(app (app (app (const f) (const zero)) (app (app (const refl (s 0)) (const Nat)) (const zero))) (const Nat))"},
+		{"axiom f : id (forall {A : Type}, A -> A).", "Nat", "f Nat zero", "(app (app (const f) (const Nat)) (const zero))"},
+		{"axiom f : (forall {A : Type}, A -> A) -> Nat.", "Nat", "f (fun A a => a)", "(app (const f) (lam (sort (s 0)) (lam #0 #0)))"},
 		{"def F : Type 1 := forall {A : Type}, A -> A. axiom f : F.", "Nat", "f Nat zero", "(app (app (const f) (const Nat)) (const zero))"},
 		{"axiom f : let A : Type := Nat in forall {a : A}, a = a -> Nat.", "Nat", "f zero refl", "(app (app (const f) (const zero)) (app (app (const refl (s 0)) (const Nat)) (const zero)))"},
 		// without an argument, with some, with more than there are signs

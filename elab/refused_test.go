@@ -24,6 +24,7 @@ func TestNoNames(t *testing.T) {
 		"def a (x : ||x) : Nat := zero.", "def a : Nat := let x : Nat := ||x in x.", "def a : Nat := let x : ||x := zero in x.", "def a : Nat := (fun (x : Nat) => x) ||x.", "def a : Nat -> Nat := fun (x : ||x) => x.",
 		"def a : Nat := ||a.", "axiom a : ||a.", "theorem a : ||b := zero.", "theorem a : ||b by refl.",
 		"inductive T : ||T.", "inductive T (x : ||T) : Type.", "inductive T : Type | c : ||U.", "inductive T : Type | c : T | d : ||c -> T.", "inductive T : Type | c : ||T.rec -> T.", "inductive T : Type | c : Nat -> ||T.c.",
+		"def a : Nat := add (let x : Nat := zero in x) ||x.", "axiom a : (forall (x : Nat), P x) -> P ||x.", "def a : (Nat -> Nat) -> Nat := fun f => add (f ((fun (y : Nat) => y) zero)) ||y.",
 		"def a : Nat := (zero : ||nothing).", "def a : Nat := (||nothing : Nat).", "def a : Prop := forall (x : Nat), ||y = x.", "axiom a (A : Type) : A -> ||B.",
 	} {
 		text, at := marks(c)
@@ -79,6 +80,9 @@ func TestNotFound(t *testing.T) {
 		{"theorem a : forall (n : Nat), add zero n = n := fun n => ||refl.", "FArg"}, {"def a : Prop := high ||Nat.", "FArg"}, {"def a.{u} (A : Sort u) : Prop := high ||A.", "FArg"}, {"def a : Nat := ||id.{2} zero.", ""},
 		{"axiom f {Q : Nat -> Prop} (n : Nat) (h : Q n) (g : Exists Q) : Nat. def a (e : Exists P) : Nat := f one ||(p : P zero) e.", "FArg"}, {"def U.{u} : Sort (u+2) := Sort (u+1). def a (A : U.{0}) : U.{0} := (||A : U.{1}).", "FArg"},
 		{"axiom f {m n : Nat} (h : P (add m (succ n))) (v : Vec Nat n) : Nat. def a (h : P (add zero one)) (v : Vec Nat one) : Nat := f h ||v.", "FArg"},
+		{"inductive Ph.{u} : Type | ph : Ph. def a (x : Ph.{0}) : Ph.{0} := (||x : Ph.{1}).", "FArg"}, {"def a (f : Nat -> Nat) : Nat -> Nat := (||f : Prop -> Nat).", "FArg"}, {"def a (f : Nat -> Nat) : Nat -> Nat := (||f : Nat -> Prop).", "FArg"},
+		{"theorem a : Exists (fun x => x = succ x) := intro _ ||refl.", "FArg"}, {"axiom k {A : Type} (f : Nat -> A) : Nat. def a (v : forall (n : Nat), Vec Nat n) : Nat := k ||v.", "FArg"}, {"axiom R : (Nat -> Nat) -> Type. def a (x : R (fun n => n)) : R (fun n => n) := (||x : R (fun n => zero)).", "FArg"},
+		{"def a (x : Vec Nat zero) : Vec Nat zero := (||x : Vec Nat one).", "FArg"}, {"def a (x : Vec Nat (add zero one)) : Vec Nat one := (||x : Vec Nat (add one one)).", "FArg"}, {"def a : Nat := (zero : (||Nat : Prop)).", "FArg"}, {"def a : Nat := ((||zero : Prop) : Nat).", "FArg"},
 		{"def a : Nat := (zero : ||zero).", "FSort"}, {"def a : Nat := ||id zero zero.", "FFun"}, {"axiom a (n : id zero) : Nat.", ""}, {"def a : Nat -> Nat := fun (x : ||id zero) => x.", "FSort"},
 		{"def a : Nat := (fun x => ||x x) zero.", ""}, {"def a : Nat := (fun x => ||x zero x) id.", ""}, {"theorem a : Exists (fun x => x = succ x) := intro zero ||refl.", "FArg"},
 		{"axiom s.{u} (A : Sort u) (B : Sort (u+1)) : Prop. axiom a : forall (A : _), s A A.", ""}, {"axiom f.{u, v} (A : Sort (imax u v)) : Prop. def a (A : Prop) : Prop := ||f A.", "FStuck"}, {"axiom k {A : Type} (f : Nat -> A) : A. def a (v : forall (n : Nat), Vec Nat n) : Nat := id (||k v).", ""},
