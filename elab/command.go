@@ -3,6 +3,7 @@ package elab
 import (
 	"provekernel/api"
 	"provekernel/fault"
+	"provekernel/kernel"
 	"provekernel/tree"
 )
 
@@ -25,10 +26,21 @@ func (s *State) declaration(c *api.Command, fuel int) api.Decl {
 		fault.ThrowAt(api.FTactic, firstTactic(c))
 	}
 	j := newJudge(s, h, max(fuel, 0))
-	if d.claims > 0 || len(h.terms) > 0 || len(h.levels) > 0 {
+	open := len(h.terms) > 0 || len(h.levels) > 0
+	if d.claims > 0 && !open {
+		s.tryOut(j.declare(c, made), fuel)
+	}
+	if d.claims > 0 || open {
 		j.settleAll(c, made, d.claims > 0)
 	}
 	return j.declare(c, made)
+}
+
+// tryOut throws what the kernel says of a declaration, where its word goes ahead of that on ascriptions, of which it sees nothing.
+func (s *State) tryOut(d api.Decl, fuel int) {
+	if code, _ := api.Code(kernel.Add(s.env.Copy(), d, fuel)); code != 0 {
+		fault.Throw(code)
+	}
 }
 
 // firstTactic is the place of a proof's first tactic.

@@ -55,6 +55,7 @@ func TestKernelFaults(t *testing.T) {
 		{"axiom a : Nat.{1}.", "FLevels"}, {"def a : Nat := @id.{1, 2} Nat zero.", "FLevels"}, {"def a : Nat := id.{1, 2} zero.", "FLevels"}, {"def a (x : List Nat) : Nat := zero.{0}.", "FLevels"}, {"axiom a : List.{0, 0} Nat.", "FLevels"},
 		{"inductive T.{u} (A : Sort u) : Prop | c : T.{u, u} A.", "FLevels"},
 		{"def a : Nat := zero zero.", "FFun"}, {"def a (x : Nat) : Nat := x x.", "FFun"}, {"axiom a : Nat zero.", "FFun"}, {"def a : Nat := Prop Prop.", "FFun"},
+		{"def a : (Nat : Type) := succ.", "FArg"}, {"def a : (Prop : Type) := (zero : Nat).", "FArg"}, {"inductive T : (Type : Type 1) | c : (T -> Nat) -> T.", "FPos"}, {"def a : Nat := succ (Nat : Type).", "FArg"},
 		{"def a : Nat := succ.", "FArg"}, {"def a : Nat -> Prop := fun (x : Nat) => x.", "FArg"}, {"def a : Nat := succ Nat.", "FArg"}, {"def a : Nat := let x : Nat := Nat in zero.", "FArg"},
 		{"def a : zero := zero.", "FSort"}, {"axiom a : zero.", "FSort"}, {"axiom a (x : zero) : Nat.", "FSort"}, {"axiom a : Nat -> zero.", "FSort"}, {"def a : Nat -> Nat := fun (x : succ) => x.", "FSort"}, {"def a : Nat := let x : zero := zero in zero.", "FSort"},
 		{"inductive T : Nat.", "FForm"}, {"inductive T : Type | c : Nat.", "FForm"}, {"inductive T.{u} : Sort u.", "FForm"}, {"inductive T (A : Type) : Type | c : T Nat.", "FForm"}, {"inductive T.{u} (A : Sort u) : Prop | c : forall (B : Prop), T.{0} B.", "FForm"},
