@@ -14,26 +14,35 @@ type draft struct {
 	rest    []*node
 }
 
-// declaration is what a command becomes.
-func (s *State) declaration(c *api.Command, fuel int) api.Decl {
-	if c.Kind < api.CAxiom || c.Kind > api.CInductive {
-		fault.ThrowAt(api.FText, c.At)
+// declaration is what a command becomes. What cannot be found where the types that are told are held against the text ahead of the
+// arguments' may be found the other way round; the fault is that of the first way.
+func (s *State) declaration(c *api.Command, fuel int) (api.Decl, error) {
+	d, err := s.attempt(c, fuel, false)
+	if code, at := api.Code(err); at > c.At && (code == api.FArg || code == api.FFun || code == api.FSort || code == api.FStuck) {
+		if other, again := s.attempt(c, fuel, true); again == nil {
+			return other, nil
+		}
 	}
-	h := &holes{}
-	d := &drafter{holes: h, find: s.find, names: map[string][]int{}}
-	made := d.command(c)
-	if c.Kind == api.CTheorem && c.ByTactics {
-		fault.ThrowAt(api.FTactic, firstTactic(c))
-	}
-	j := newJudge(s, h, max(fuel, 0))
-	open := len(h.terms) > 0 || len(h.levels) > 0
-	if d.claims > 0 && !open {
-		s.tryOut(j.declare(c, made), fuel)
-	}
-	if d.claims > 0 || open {
-		j.settleAll(c, made, d.claims > 0)
-	}
-	return j.declare(c, made)
+	return d, err
+}
+
+// attempt is what a command becomes one way.
+func (s *State) attempt(c *api.Command, fuel int, argsFirst bool) (api.Decl, error) {
+	return fault.Caught(func() api.Decl {
+		h := &holes{}
+		d := &drafter{holes: h, find: s.find, names: map[string][]int{}}
+		made := d.command(c)
+		j := newJudge(s, h, max(fuel, 0))
+		j.argsFirst = argsFirst
+		open := len(h.terms) > 0 || len(h.levels) > 0
+		if d.claims > 0 && !open {
+			s.tryOut(j.declare(c, made), fuel)
+		}
+		if d.claims > 0 || open {
+			j.settleAll(c, made, d.claims > 0)
+		}
+		return j.declare(c, made)
+	})
 }
 
 // tryOut throws what the kernel says of a declaration, where its word goes ahead of that on ascriptions, of which it sees nothing.
@@ -51,8 +60,11 @@ func firstTactic(c *api.Command) int {
 	return c.Tactics[0].At
 }
 
-// command makes the expressions of a command nodes.
+// command makes the expressions of a command nodes. What tactics would make is not made yet.
 func (d *drafter) command(c *api.Command) draft {
+	if c.Kind < api.CAxiom || c.Kind > api.CInductive {
+		fault.ThrowAt(api.FText, c.At)
+	}
 	var made draft
 	for i := range c.Binders {
 		made.binders = append(made.binders, d.expr(&c.Binders[i].Type))
@@ -65,7 +77,9 @@ func (d *drafter) command(c *api.Command) draft {
 		for i := range c.Ctors {
 			made.rest = append(made.rest, d.expr(&c.Ctors[i].Type))
 		}
-	case c.Kind != api.CAxiom && !c.ByTactics:
+	case c.Kind == api.CTheorem && c.ByTactics:
+		fault.ThrowAt(api.FTactic, firstTactic(c))
+	case c.Kind != api.CAxiom:
 		made.rest = append(made.rest, d.expr(&c.Value))
 	}
 	return made

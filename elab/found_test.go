@@ -66,6 +66,8 @@ func TestFound(t *testing.T) {
 		{"", "Not (zero = zero) -> Not (zero = zero)", "fun h e => h e", "(lam (app (const Not) (app (app (app (const Eq (s 0)) (const Nat)) (const zero)) (const zero))) (lam (app (app (app (const Eq (s 0)) (const Nat)) (const zero)) (const zero)) (app #1 #0)))"},
 		{"", "P (add one one)", "(p : P (succ _))", "(app (const p) (app (const succ) (app (app (app (app (const Nat.rec (s 0)) (lam (const Nat) (const Nat))) (const one)) (lam (const Nat) (lam (app (lam (const Nat) (const Nat)) #0) (app (const succ) #0)))) (const zero))))"},
 		{"def plus (m n : Nat) : Nat := Nat.rec (fun x => Nat) m (fun k r => succ r) n. axiom f {m n : Nat} (h : P (add m n)) : Nat.", "forall (a b : Nat), P (plus a b) -> Nat", "fun a b h => f h", "(lam (const Nat) (lam (const Nat) (lam (app (const P) (app (app (const plus) #1) #0)) (app (app (app (const f) #2) #1) #0))))"},
+		// where the type that is told leads astray, the arguments say it
+		{"axiom f {n : Nat} (v : Vec Nat n) : P (any n).", "Vec Nat zero -> P (any one)", "fun v => f v", "(lam (app (app (const Vec) (const Nat)) (const zero)) (app (app (const f) (const zero)) #0))"},
 		// what waits
 		{"axiom f {Q : Nat -> Prop} (n : Nat) (h : Q n) (g : Exists Q) : Nat.", "Exists P -> Nat", "fun e => f one p e", "(lam (app (app (const Exists (s 0)) (const Nat)) (const P)) (app (app (app (app (const f) (const P)) (const one)) (app (const p) (const one))) #0))"},
 		{"axiom f {n : Nat} (h : P (add zero n)) (v : Vec Nat n) : Nat.", "P one -> Vec Nat one -> Nat", "fun h v => f h v", "(lam (app (const P) (const one)) (lam (app (app (const Vec) (const Nat)) (const one)) (app (app (app (const f) (const one)) #1) #0)))"},

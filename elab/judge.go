@@ -34,6 +34,8 @@ type judge struct {
 	place   int // of what is being held against one another
 	family  *api.Decl
 	types   map[string]declared
+
+	argsFirst bool // arguments are looked at ahead of the type that an application must have
 }
 
 // declared: a constant's parameters and type.
@@ -293,7 +295,7 @@ type argument struct {
 }
 
 // application is the type of a function applied to arguments. The type that the whole must have, if one is told, is held against
-// it ahead of the arguments' types: it says more of the arguments than they say of it.
+// it ahead of the arguments' types, for the most part: it says more of the arguments than they say of it.
 func (j *judge) application(n *node, want *opened, s scope) *api.Term {
 	left := opened{term: j.infer(n.parts[0], s)}
 	var args []argument
@@ -308,6 +310,10 @@ func (j *judge) application(n *node, want *opened, s scope) *api.Term {
 		left = j.behind(pi, part, s)
 	}
 	typ := j.put(left)
+	if want == nil || j.argsFirst {
+		j.checkAll(args, s)
+		args = nil
+	}
 	if want != nil {
 		j.agree(typ, j.put(*want), n.at)
 	}

@@ -255,8 +255,6 @@ func TestLongTextsAgain(t *testing.T) {
 		n       int
 		in, out func(t string) string
 	}{
-		{n: 19, in: func(t string) string { return "forall (x y : " + t + "), A" },
-			out: func(t string) string { return "forall (x : " + t + "), forall (y : " + t + "), A" }},
 		{n: 18, in: func(t string) string { return "fun {x y : f (" + t + ") -> @g} => A" },
 			out: func(t string) string {
 				return "fun {x : f (" + t + ") -> @g} => fun {y : f (" + t + ") -> @g} => A"
