@@ -19,7 +19,7 @@ const (
 
 // filledBy is fits of terms at least one of which has a hole at its head.
 func (j *judge) filledBy(a, b *api.Term) bool {
-	if j.isSameHole(a, b) {
+	if isSameHole(a, b) {
 		return j.same(j.solved(a), j.solved(b)) || j.wait(a, b)
 	}
 	first := j.fillTried(a, b)
@@ -37,7 +37,7 @@ func (j *judge) filledBy(a, b *api.Term) bool {
 }
 
 // isSameHole tells whether two terms have the same hole at their heads.
-func (j *judge) isSameHole(a, b *api.Term) bool {
+func isSameHole(a, b *api.Term) bool {
 	m, ok := holeNumber(headOf(a))
 	n, also := holeNumber(headOf(b))
 	return ok && also && m == n

@@ -6,6 +6,9 @@ import (
 	"provekernel/tree"
 )
 
+// mostSteps: how much fuel a command is run with at most.
+const mostSteps = 100000
+
 // pass throws the fault of another layer: what it cannot do, for lack of fuel.
 func pass(err error) {
 	if code, _ := api.Code(err); code != 0 {
@@ -116,9 +119,10 @@ func (j *judge) same(a, b *api.Term) bool {
 	return true
 }
 
-// equal tells whether two terms in which nothing is left open are equal.
+// equal tells whether two terms in which nothing is left open are equal. How many steps that takes is not told: it counts as if
+// it took some of those that it may.
 func (j *judge) equal(a, b *api.Term) bool {
-	j.spend(tree.Parts(a) + tree.Parts(b) + j.fuel/64)
+	j.spend(tree.Parts(a) + tree.Parts(b) + min(j.fuel, mostSteps)/64)
 	j.refresh()
 	equal, err := j.env.Equal(*a, *b, j.fuel)
 	pass(err)
