@@ -39,7 +39,7 @@ func (s *State) attempt(c *api.Command, fuel int, argsFirst bool) (api.Decl, err
 			s.tryOut(j.declare(c, made), fuel)
 		}
 		if d.claims > 0 || open {
-			j.settleAll(c, made, d.claims > 0)
+			j.settleAll(c, made, d)
 		}
 		return j.declare(c, made)
 	})
@@ -87,13 +87,14 @@ func (d *drafter) command(c *api.Command) draft {
 
 // settleAll finds all that is left open in a command. FStuck: something cannot be found. Of what an ascription says the kernel
 // sees nothing: it must not wait in the end.
-func (j *judge) settleAll(c *api.Command, made draft, claims bool) {
+func (j *judge) settleAll(c *api.Command, made draft, d *drafter) {
 	terms, levels := len(j.terms), len(j.levels)
 	j.look(c, made)
-	at, open := j.leftOpen(terms, levels, claims)
+	at, open := j.leftOpen(terms, levels, d.claims > 0)
 	if open {
+		j.guessParams(d.params)
 		j.guess()
-		at, open = j.leftOpen(terms, levels, claims)
+		at, open = j.leftOpen(terms, levels, d.claims > 0)
 	}
 	if open {
 		fault.ThrowAt(api.FStuck, at)

@@ -21,12 +21,19 @@ func TestCommands(t *testing.T) {
 		{"inductive T : Prop.", "(inductive T () 0 (sort 0))"},
 		{"inductive T : Type | c : T | d : T -> (Nat -> T) -> T.", "(inductive T () 0 (sort (s 0)) (ctor c (const T)) (ctor d (pi (const T) (pi (pi (const Nat) (const T)) (const T)))))"},
 		{"inductive T (x : Nat) : Type | c : T x.", "(inductive T () 1 (pi (const Nat) (sort (s 0))) (ctor c (pi (const Nat) (app (const T) #0))))"},
+		{"inductive T {x : Nat} : Type | c : T | d : T -> T.", "(inductive T () 1 (pi (const Nat) (sort (s 0))) (ctor c (pi (const Nat) (app (const T) #0))) (ctor d (pi (const Nat) (pi (app (const T) #0) (app (const T) #1)))))"},
+		{"inductive T (n : Nat) {A : Type} : A -> Type | c : forall (a : A) (b : Nat), T b a -> T n a.", ""},
+		{"inductive T (n : Nat) {A : Type} : Type | c : A -> T n.", "(inductive T () 2 (pi (const Nat) (pi (sort (s 0)) (sort (s 0)))) (ctor c (pi (const Nat) (pi (sort (s 0)) (pi #0 (app (app (const T) #2) #1))))))"},
 		{"inductive T {x : Nat} : Type | c : @T x | d : @T x -> @T x.", "(inductive T () 1 (pi (const Nat) (sort (s 0))) (ctor c (pi (const Nat) (app (const T) #0))) (ctor d (pi (const Nat) (pi (app (const T) #0) (app (const T) #1)))))"},
 		{"inductive T {x : Nat} (h : x = zero) : Type | c : T h | d : T h -> T h.", "(inductive T () 2 (pi (const Nat) (pi (app (app (app (const Eq (s 0)) (const Nat)) #0) (const zero)) (sort (s 0)))) (ctor c (pi (const Nat) (pi (app (app (app (const Eq (s 0)) (const Nat)) #0) (const zero)) (app (app (const T) #1) #0)))) (ctor d (pi (const Nat) (pi (app (app (app (const Eq (s 0)) (const Nat)) #0) (const zero)) (pi (app (app (const T) #1) #0) (app (app (const T) #2) #1))))))"},
 		{"inductive T.{u, v} (A : Sort u) (B : Sort v) : A -> Prop | c : forall (a : A), B -> T A B a.", "(inductive T (u v) 2 (pi (sort u) (pi (sort v) (pi #1 (sort 0)))) (ctor c (pi (sort u) (pi (sort v) (pi #1 (pi #1 (app (app (app (const T u v) #3) #2) #1)))))))"},
 		{"inductive T.{u} : Prop | c : T.", "(inductive T (u) 0 (sort 0) (ctor c (const T u)))"},
 		{"inductive T.{u} : Prop | c : T.{u}.", "(inductive T (u) 0 (sort 0) (ctor c (const T u)))"},
 	} {
+		if c[1] == "" {
+			refused(t, c[0], "FPos at 0")
+			continue
+		}
 		becomes(t, c[0], c[1])
 	}
 }

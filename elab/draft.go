@@ -18,9 +18,13 @@ type drafter struct {
 	family *api.Command                       // whose constructors are being made; nil: none
 	names  map[string][]int                   // of the binders around: how many stand outside of each, the innermost last
 	depth  int                                // how many binders stand around
+	params []paramHole
 	nodes  int
 	claims int // how many ascriptions there are
 }
+
+// paramHole: a hole for a parameter of a family, in one of its constructors.
+type paramHole struct{ hole, number int }
 
 // node is a new one of that kind, of what stands at that place.
 func (d *drafter) node(kind kind, at int, parts ...*node) *node {
@@ -115,9 +119,10 @@ func (d *drafter) application(e *api.Expr) *node {
 	slices.Reverse(args)
 	head, signs := d.head(e)
 	n := d.node(applied, e.At, head)
-	for _, implicit := range signs {
+	for i, implicit := range signs {
 		if implicit {
 			n.parts = append(n.parts, d.hole(e.At))
+			d.noteParam(head, len(d.terms)-1, i)
 			continue
 		}
 		if len(args) == 0 {
@@ -133,6 +138,13 @@ func (d *drafter) application(e *api.Expr) *node {
 		return head
 	}
 	return n
+}
+
+// noteParam remembers a hole, if it stands for that parameter of the family in one of its constructors.
+func (d *drafter) noteParam(head *node, hole, number int) {
+	if d.family != nil && head.name == d.family.Name {
+		d.params = append(d.params, paramHole{hole, number})
+	}
 }
 
 // head makes what is applied a node, with the signs of the arguments that it has.

@@ -24,6 +24,16 @@ func (j *judge) guess() {
 	}
 }
 
+// guessParams fills in what has not been found of a family's parameters in its constructors: no other ones may stand there.
+func (j *judge) guessParams(params []paramHole) {
+	for _, p := range params {
+		if h := j.terms[p.hole]; h.value == nil {
+			j.fill(p.hole, variableTerm(h.arity-1-p.number))
+		}
+	}
+	j.settle()
+}
+
 // guessFits is fits of terms that wait: a hole that is applied to something is taken for the function that the other one applies,
 // or else for what does not hang on that.
 func (j *judge) guessFits(a, b *api.Term) bool {

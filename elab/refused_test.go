@@ -75,7 +75,7 @@ func TestNotFound(t *testing.T) {
 	for _, c := range [][2]string{
 		{"def a : Nat := ||_.", "FStuck"}, {"def a : Nat -> Nat := fun x => ||_.", "FStuck"}, {"def a : Nat := (||_ : Nat).", "FStuck"}, {"axiom a : ||_.", "FStuck"}, {"axiom a (x : ||_) : Nat.", "FStuck"}, {"def a : ||_ := _.", "FStuck"},
 		{"def a : Nat := (fun (x : ||_) => zero) _.", "FStuck"}, {"def a : Nat := ||pick zero zero.", "FStuck"}, {"def a : Nat := (fun ||x => zero) nil.", "FStuck"}, {"inductive T.{u} : Prop | c : T. def a : ||T := c.", "FStuck"},
-		{"inductive T {x : Nat} : Type | c : ||T.", "FStuck"}, {"def a : Nat := let x : List ||_ := nil in zero.", "FStuck"}, {"def a : Nat := (fun ||x => zero) (fun (y : _) => y).", "FStuck"},
+		{"def a : Nat := let x : List ||_ := nil in zero.", "FStuck"}, {"def a : Nat := (fun ||x => zero) (fun (y : _) => y).", "FStuck"},
 		{"def a : Nat := (zero : (fun (A : Type) => Nat) ||_).", "FStuck"}, {"axiom f.{u} : Prop. axiom a : (f : (fun (x : ||Exists) => Prop) f) -> Prop.", ""},
 		{"def a : Nat := id ||succ.", "FArg"}, {"theorem a : zero = one := ||refl.", "FArg"}, {"def a : List Nat := cons ||nil nil.", "FArg"}, {"def a : Nat := (||zero : Prop).", "FArg"}, {"def a : Nat := ||(zero : id (id Nat)) nil.", ""},
 		{"theorem a : forall (n : Nat), add zero n = n := fun n => ||refl.", "FArg"}, {"def a : Prop := high ||Nat.", "FArg"}, {"def a.{u} (A : Sort u) : Prop := high ||A.", "FArg"}, {"def a : Nat := ||id.{2} zero.", ""},
