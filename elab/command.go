@@ -4,6 +4,7 @@ import (
 	"provekernel/api"
 	"provekernel/fault"
 	"provekernel/kernel"
+	"provekernel/remake"
 	"provekernel/tree"
 )
 
@@ -18,7 +19,7 @@ type draft struct {
 // arguments' may be found the other way round; the fault is that of the first way.
 func (s *State) declaration(c *api.Command, fuel int) (api.Decl, error) {
 	d, err := s.attempt(c, fuel, false)
-	if code, at := api.Code(err); at > c.At && (code == api.FArg || code == api.FFun || code == api.FSort || code == api.FStuck) {
+	if _, at := api.Code(err); at > c.At && mayFitOtherwise(err) {
 		if other, again := s.attempt(c, fuel, true); again == nil {
 			return other, nil
 		}
@@ -30,10 +31,13 @@ func (s *State) declaration(c *api.Command, fuel int) (api.Decl, error) {
 func (s *State) attempt(c *api.Command, fuel int, argsFirst bool) (api.Decl, error) {
 	return fault.Caught(func() api.Decl {
 		h := &holes{}
-		d := &drafter{holes: h, find: s.find, names: map[string][]int{}}
+		d := &drafter{holes: h, find: s.find, names: names{}}
 		made := d.command(c)
 		j := newJudge(s, h, max(fuel, 0))
 		j.argsFirst = argsFirst
+		if isByTactics(c) {
+			return j.prove(c, made, d)
+		}
 		open := len(h.terms) > 0 || len(h.levels) > 0
 		if d.claims > 0 && !open {
 			s.tryOut(j.declare(c, made), fuel)
@@ -52,15 +56,10 @@ func (s *State) tryOut(d api.Decl, fuel int) {
 	}
 }
 
-// firstTactic is the place of a proof's first tactic.
-func firstTactic(c *api.Command) int {
-	if len(c.Tactics) == 0 {
-		return c.At
-	}
-	return c.Tactics[0].At
-}
+// isByTactics tells whether a command is a theorem whose value tactics make.
+func isByTactics(c *api.Command) bool { return c.Kind == api.CTheorem && c.ByTactics }
 
-// command makes the expressions of a command nodes. What tactics would make is not made yet.
+// command makes the expressions of a command nodes, but for those that tactics have: what these mean hangs on the goals.
 func (d *drafter) command(c *api.Command) draft {
 	if c.Kind < api.CAxiom || c.Kind > api.CInductive {
 		fault.ThrowAt(api.FText, c.At)
@@ -77,9 +76,7 @@ func (d *drafter) command(c *api.Command) draft {
 		for i := range c.Ctors {
 			made.rest = append(made.rest, d.expr(&c.Ctors[i].Type))
 		}
-	case c.Kind == api.CTheorem && c.ByTactics:
-		fault.ThrowAt(api.FTactic, firstTactic(c))
-	case c.Kind != api.CAxiom:
+	case c.Kind != api.CAxiom && !isByTactics(c):
 		made.rest = append(made.rest, d.expr(&c.Value))
 	}
 	return made
@@ -88,28 +85,28 @@ func (d *drafter) command(c *api.Command) draft {
 // settleAll finds all that is left open in a command. FStuck: something cannot be found. Of what an ascription says the kernel
 // sees nothing: it must not wait in the end.
 func (j *judge) settleAll(c *api.Command, made draft, d *drafter) {
-	terms, levels := len(j.terms), len(j.levels)
+	text := j.mark()
 	j.look(c, made)
-	at, open := j.leftOpen(terms, levels, d.claims > 0)
+	at, open := j.leftOpen(mark{}, text, d.claims > 0)
 	if open {
 		j.guessParams(d.params)
 		j.guess()
-		at, open = j.leftOpen(terms, levels, d.claims > 0)
+		at, open = j.leftOpen(mark{}, text, d.claims > 0)
 	}
 	if open {
 		fault.ThrowAt(api.FStuck, at)
 	}
 }
 
-// leftOpen is the place of the first of so many holes and levels that has not been found, or of what waits, if nothing may; false:
-// all has been found.
-func (j *judge) leftOpen(terms, levels int, claims bool) (at int, ok bool) {
-	for _, h := range j.terms[:terms] {
+// leftOpen is the place of the first of the holes and levels from one mark to another that has not been found, or of what waits, if
+// nothing may; false: all has been found.
+func (j *judge) leftOpen(from, to mark, claims bool) (at int, ok bool) {
+	for _, h := range j.terms[from.terms:to.terms] {
 		if h.value == nil || j.hasHoles(j.solved(h.value)) {
 			return h.at, true
 		}
 	}
-	for _, l := range j.levels[:levels] {
+	for _, l := range j.levels[from.levels:to.levels] {
 		if l.value == nil || j.levelHasHoles(j.solvedLevel(l.value)) {
 			return l.at, true
 		}
@@ -120,14 +117,20 @@ func (j *judge) leftOpen(terms, levels int, claims bool) (at int, ok bool) {
 	return 0, false
 }
 
-// look looks at all the parts of a command.
-func (j *judge) look(c *api.Command, made draft) {
+// lookHead looks at the binders and the type of a command: the binders' variables.
+func (j *judge) lookHead(made draft) scope {
 	var s scope
 	for _, n := range made.binders {
 		j.sort(n, s)
 		s = s.with(j.newLocal(j.term(n, s)))
 	}
 	j.sort(made.typ, s)
+	return s
+}
+
+// look looks at all the parts of a command.
+func (j *judge) look(c *api.Command, made draft) {
+	s := j.lookHead(made)
 	if c.Kind == api.CInductive {
 		typ := j.boundBy(api.Pi, j.term(made.typ, s), s)
 		j.family = &api.Decl{Name: c.Name, Params: c.Params, Type: *typ}
@@ -136,7 +139,7 @@ func (j *judge) look(c *api.Command, made draft) {
 		if c.Kind == api.CInductive {
 			j.sort(n, s)
 		} else {
-			j.check(n, opened{term: j.term(made.typ, s)}, s)
+			j.check(n, remake.Opened{Term: j.term(made.typ, s)}, s)
 		}
 	}
 	j.settle()
@@ -144,8 +147,7 @@ func (j *judge) look(c *api.Command, made draft) {
 
 // declare is the declaration, with all that has been found.
 func (j *judge) declare(c *api.Command, made draft) api.Decl {
-	d := api.Decl{Kind: api.Def, Name: c.Name, Params: c.Params}
-	d.Type = j.whole(api.Pi, made.binders, made.typ)
+	d := j.typed(api.Def, c, made)
 	switch c.Kind {
 	case api.CAxiom:
 		d.Kind = api.Axiom
@@ -160,9 +162,18 @@ func (j *judge) declare(c *api.Command, made draft) api.Decl {
 	return d
 }
 
+// typed is a declaration of that kind, without a value.
+func (j *judge) typed(kind int, c *api.Command, made draft) api.Decl {
+	return api.Decl{Kind: kind, Name: c.Name, Params: c.Params, Type: j.whole(api.Pi, made.binders, made.typ)}
+}
+
 // whole is the term of a node behind binders of that kind.
 func (j *judge) whole(kind int, binders []*node, n *node) api.Term {
-	made := j.final(n, len(binders))
+	return j.behind(kind, binders, j.final(n, len(binders)))
+}
+
+// behind is a term behind binders of that kind.
+func (j *judge) behind(kind int, binders []*node, made *api.Term) api.Term {
 	for i := len(binders) - 1; i >= 0; i-- {
 		made = &api.Term{Kind: kind, Args: []api.Term{*j.final(binders[i], i), *made}}
 	}

@@ -5,6 +5,7 @@ import (
 
 	"provekernel/api"
 	"provekernel/fault"
+	"provekernel/remake"
 )
 
 // mostNodes: how many nodes the text of a command may have. The document promises nothing of terms that have so many parts;
@@ -16,12 +17,21 @@ type drafter struct {
 	*holes
 	find   func(name string) (constant, bool) // what is known of a constant
 	family *api.Command                       // whose constructors are being made; nil: none
-	names  map[string][]int                   // of the binders around: how many stand outside of each, the innermost last
+	names  names                              // of the binders around
 	depth  int                                // how many binders stand around
 	params []paramHole
 	nodes  int
 	claims int // how many ascriptions there are
 }
+
+// names: of each how many binders stand outside of those that have it, the innermost last.
+type names map[string][]int
+
+// bind says that a binder under that many others has a name.
+func (ns names) bind(name string, depth int) { ns[name] = append(ns[name], depth) }
+
+// unbind takes the innermost binder of that name away.
+func (ns names) unbind(name string) { ns[name] = ns[name][:len(ns[name])-1] }
 
 // paramHole: a hole for a parameter of a family, in one of its constructors.
 type paramHole struct{ hole, number int }
@@ -53,7 +63,7 @@ func (d *drafter) expr(e *api.Expr) *node {
 			fault.ThrowAt(api.FText, e.At)
 		}
 		n := d.node(universe, e.At)
-		n.levels = copiedLevels(e.Levels)
+		n.levels = remake.CopiedLevels(e.Levels)
 		return n
 	case api.XHole:
 		return d.hole(e.At)
@@ -99,13 +109,13 @@ func (d *drafter) let(e *api.Expr) *node {
 
 // bind puts a binder of that name around what is made next.
 func (d *drafter) bind(name string) {
-	d.names[name] = append(d.names[name], d.depth)
+	d.names.bind(name, d.depth)
 	d.depth++
 }
 
 // unbind takes the innermost binder, which has that name, away.
 func (d *drafter) unbind(name string) {
-	d.names[name] = d.names[name][:len(d.names[name])-1]
+	d.names.unbind(name)
 	d.depth--
 }
 
@@ -126,6 +136,7 @@ func (d *drafter) application(e *api.Expr) *node {
 			continue
 		}
 		if len(args) == 0 {
+			n.implicit, head.implicit = signs[i:], signs[i:]
 			break
 		}
 		n.parts = append(n.parts, d.expr(args[0]))
@@ -178,7 +189,7 @@ func (d *drafter) constant(n *node, e *api.Expr) []bool {
 	case !ok && !own:
 		fault.ThrowAt(api.FName, e.At)
 	case e.Given:
-		n.levels = copiedLevels(e.Levels)
+		n.levels = remake.CopiedLevels(e.Levels)
 	case own:
 		for _, name := range d.family.Params {
 			n.levels = append(n.levels, api.Level{Kind: api.Param, Name: name})

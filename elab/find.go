@@ -4,6 +4,7 @@ import (
 	"slices"
 
 	"provekernel/api"
+	"provekernel/remake"
 	"provekernel/tree"
 )
 
@@ -38,8 +39,8 @@ func (j *judge) filledBy(a, b *api.Term) bool {
 
 // isSameHole tells whether two terms have the same hole at their heads.
 func isSameHole(a, b *api.Term) bool {
-	m, ok := holeNumber(headOf(a))
-	n, also := holeNumber(headOf(b))
+	m, ok := remake.HoleNumber(remake.HeadOf(a))
+	n, also := remake.HoleNumber(remake.HeadOf(b))
 	return ok && also && m == n
 }
 
@@ -76,18 +77,18 @@ func (j *judge) fillIn(a, t *api.Term) verdict {
 		}
 	}
 	j.fill(number, body)
-	return j.typeAgrees(number, headOf(a))
+	return j.typeAgrees(number, remake.HeadOf(a))
 }
 
 // pattern takes a hole applied to different locals apart: its number, and theirs. false: it is applied to something else.
 func (j *judge) pattern(a *api.Term) (int, []int, bool) {
-	head, args := spine(a)
-	number, _ := holeNumber(head)
+	head, args := remake.Spine(a)
+	number, _ := remake.HoleNumber(head)
 	var locals []int
 	met := map[int]int{}
-	for i, arg := range append(partsOf(head), args...) {
-		j.spend(1)
-		local, ok := localNumber(j.headed(arg))
+	for i, arg := range append(remake.PartsOf(head), args...) {
+		j.Spend(1)
+		local, ok := remake.LocalNumber(j.headed(arg))
 		if _, twice := met[local]; !ok || twice {
 			return 0, nil, false
 		}
@@ -103,8 +104,8 @@ func (j *judge) typeAgrees(number int, at *api.Term) verdict {
 	if h.typ == nil {
 		return done
 	}
-	typ, ok := j.typeOf(j.filled(h.value, partsOf(at)))
-	if ok && !j.fits(typ, j.filled(h.typ, partsOf(at))) {
+	typ, ok := j.typeOf(j.Filled(h.value, remake.PartsOf(at)))
+	if ok && !j.fits(typ, j.Filled(h.typ, remake.PartsOf(at))) {
 		return cannot
 	}
 	return done
@@ -118,26 +119,26 @@ func (j *judge) closed(number int, t *api.Term, locals []int) (*api.Term, verdic
 	for i := len(locals) - 1; i >= arity && v == done; i-- {
 		var typ *api.Term
 		typ, v = j.closing(number, locals[:i]).made(j.solved(j.locals[locals[i]].typ))
-		body = contracted(&api.Term{Kind: api.Lam, Args: []api.Term{*typ, *body}}, &j.budget)
+		body = contracted(&api.Term{Kind: api.Lam, Args: []api.Term{*typ, *body}}, &j.Budget)
 	}
 	return body, v
 }
 
 // contracted is f of (lam A (app f #0)), where #0 does not stand in f; of another function itself.
-func contracted(t *api.Term, b *budget) *api.Term {
+func contracted(t *api.Term, b *remake.Budget) *api.Term {
 	body := &t.Args[1]
 	if !tree.Is(body, api.App) || body.Args[1].Kind != api.Var || body.Args[1].N != 0 {
 		return t
 	}
 	stands := false
-	c := change{budget: b, put: func(leaf *api.Term, binders int) *api.Term {
+	c := remake.Change{Budget: b, Put: func(leaf *api.Term, binders int) *api.Term {
 		if leaf.Kind != api.Var || leaf.N < binders {
 			return nil
 		}
 		stands = stands || leaf.N == binders
-		return variableTerm(leaf.N - 1)
+		return remake.Variable(leaf.N - 1)
 	}}
-	if f := c.under(&body.Args[0], 0); !stands {
+	if f := c.Under(&body.Args[0], 0); !stands {
 		return f
 	}
 	return t
@@ -162,22 +163,22 @@ func (j *judge) closing(number int, locals []int) *closing {
 
 // made is a term with its locals made variables.
 func (c *closing) made(t *api.Term) (*api.Term, verdict) {
-	r := change{budget: &c.budget}
-	r.put = func(leaf *api.Term, binders int) *api.Term { return c.leaf(&r, leaf, binders) }
-	made := r.under(t, 0)
+	r := remake.Change{Budget: &c.Budget}
+	r.Put = func(leaf *api.Term, binders int) *api.Term { return c.leaf(&r, leaf, binders) }
+	made := r.Under(t, 0)
 	return made, c.bad
 }
 
 // leaf is what stands in the place of a variable or a constant.
-func (c *closing) leaf(r *change, leaf *api.Term, binders int) *api.Term {
-	if local, ok := localNumber(leaf); ok {
+func (c *closing) leaf(r *remake.Change, leaf *api.Term, binders int) *api.Term {
+	if local, ok := remake.LocalNumber(leaf); ok {
 		if place, ok := c.places[local]; ok {
-			return variableTerm(len(c.places) - 1 - place + binders)
+			return remake.Variable(len(c.places) - 1 - place + binders)
 		}
 		c.refuse()
 		return leaf
 	}
-	other, ok := holeNumber(leaf)
+	other, ok := remake.HoleNumber(leaf)
 	switch {
 	case !ok:
 		return nil
@@ -198,12 +199,12 @@ func (c *closing) refuse() {
 }
 
 // hole is another hole with its locals made variables.
-func (c *closing) hole(r *change, t *api.Term, binders int) *api.Term {
+func (c *closing) hole(r *remake.Change, t *api.Term, binders int) *api.Term {
 	made := *t
 	made.Args = slices.Clone(t.Args)
 	c.within++
 	for i := range made.Args {
-		made.Args[i] = *r.under(&made.Args[i], binders)
+		made.Args[i] = *r.Under(&made.Args[i], binders)
 	}
 	c.within--
 	return &made

@@ -3,6 +3,7 @@ package elab
 import (
 	"provekernel/api"
 	"provekernel/fault"
+	"provekernel/remake"
 	"provekernel/tree"
 )
 
@@ -23,8 +24,8 @@ func (j *judge) agree(a, b *api.Term, at int) {
 
 // settle looks again at what waits, as long as more has been found since.
 func (j *judge) settle() {
-	for len(j.waiting) > 0 && j.looked != len(j.trail) {
-		j.looked = len(j.trail)
+	for len(j.waiting) > 0 && j.looked != j.found {
+		j.looked = j.found
 		claims := j.waiting
 		j.waiting = nil
 		for _, c := range claims {
@@ -57,7 +58,7 @@ func (j *judge) tried(work func() bool) bool {
 
 // fits holds two terms against one another, and fills in what must be so for them to be equal. false: they cannot be.
 func (j *judge) fits(a, b *api.Term) bool {
-	j.spend(1)
+	j.Spend(1)
 	a, b = j.headed(a), j.headed(b)
 	switch {
 	case a == b:
@@ -107,8 +108,8 @@ func sameHead(a, b *api.Term) bool {
 
 // spinesFit is fits of applications of the same constant: of its levels, and of its arguments.
 func (j *judge) spinesFit(a, b *api.Term) bool {
-	headA, argsA := spine(a)
-	headB, argsB := spine(b)
+	headA, argsA := remake.Spine(a)
+	headB, argsB := remake.Spine(b)
 	for i := range headA.Levels {
 		if !j.levelsFit(&headA.Levels[i], &headB.Levels[i]) {
 			return false
@@ -142,14 +143,14 @@ func (j *judge) bindersFit(a, b *api.Term) bool {
 	kind := a.Kind
 	var locals []*api.Term
 	for tree.Is(a, kind) && tree.Is(b, kind) {
-		typ := j.filled(&a.Args[0], locals)
-		if !j.fits(typ, j.filled(&b.Args[0], locals)) {
+		typ := j.Filled(&a.Args[0], locals)
+		if !j.fits(typ, j.Filled(&b.Args[0], locals)) {
 			return false
 		}
 		locals = append(locals, j.newVariable(typ))
 		a, b = &a.Args[1], &b.Args[1]
 	}
-	return j.fits(j.filled(a, locals), j.filled(b, locals))
+	return j.fits(j.Filled(a, locals), j.Filled(b, locals))
 }
 
 // etaFits is fits of a lam and of a form that is none.
@@ -158,5 +159,5 @@ func (j *judge) etaFits(f, other *api.Term) bool {
 		return false
 	}
 	x := j.newVariable(&f.Args[0])
-	return j.fits(j.filled(&f.Args[1], []*api.Term{x}), applyTo(other, []*api.Term{x}))
+	return j.fits(j.Filled(&f.Args[1], []*api.Term{x}), remake.Apply(other, x))
 }

@@ -3,6 +3,7 @@ package elab
 import (
 	"provekernel/api"
 	"provekernel/fault"
+	"provekernel/remake"
 	"provekernel/tree"
 )
 
@@ -19,12 +20,12 @@ func pass(err error) {
 // headed is a term at whose head no hole stands that has been found.
 func (j *judge) headed(t *api.Term) *api.Term {
 	for {
-		value := j.valueOf(headOf(t))
+		value := j.valueOf(remake.HeadOf(t))
 		if value == nil {
 			return t
 		}
-		head, args := spine(t)
-		t = j.reapplied(j.filled(value, partsOf(head)), args)
+		head, args := remake.Spine(t)
+		t = j.reapplied(j.Filled(value, remake.PartsOf(head)), args)
 	}
 }
 
@@ -36,13 +37,13 @@ func (j *judge) reapplied(f *api.Term, args []*api.Term) *api.Term {
 		f = &f.Args[1]
 		taken++
 	}
-	return applyTo(j.filled(f, args[:taken]), args[taken:])
+	return remake.Apply(j.Filled(f, args[:taken]), args[taken:]...)
 }
 
 // inForm tells of a term, at whose head no hole stands that has been found, whether it is in weak head normal form for sure: no
 // step need be looked for.
 func (j *judge) inForm(t *api.Term) bool {
-	head := headOf(t)
+	head := remake.HeadOf(t)
 	switch head.Kind {
 	case api.Lam:
 		return head == t
@@ -56,7 +57,7 @@ func (j *judge) inForm(t *api.Term) bool {
 
 // moves tells whether a constant may take a step where it is the head.
 func (j *judge) moves(name string) bool {
-	if number, ok := marked(localMark, name); ok {
+	if number, ok := remake.LocalNamed(name); ok {
 		return j.locals[number].isLet
 	}
 	known, _ := j.state.find(name)
@@ -73,7 +74,7 @@ func (j *judge) whnf(t *api.Term) *api.Term {
 	j.refresh()
 	made, steps, err := j.env.Whnf(*t, j.fuel)
 	pass(err)
-	j.spend(steps + tree.Parts(&made))
+	j.Spend(steps + tree.Parts(&made))
 	if j.same(&made, t) {
 		return t
 	}
@@ -82,7 +83,7 @@ func (j *judge) whnf(t *api.Term) *api.Term {
 
 // isBlocked tells whether a weak head normal form is one only because something has not been found yet.
 func (j *judge) isBlocked(t *api.Term) bool {
-	head, args := spine(t)
+	head, args := remake.Spine(t)
 	if head.Kind != api.Const {
 		return false
 	}
@@ -99,7 +100,7 @@ func (j *judge) mayBecome(t *api.Term) bool { return j.isOpen(t) || j.isBlocked(
 
 // same tells whether two terms are the same, as they are written.
 func (j *judge) same(a, b *api.Term) bool {
-	j.spend(1)
+	j.Spend(1)
 	if a == b {
 		return true
 	}
@@ -122,7 +123,7 @@ func (j *judge) same(a, b *api.Term) bool {
 // equal tells whether two terms in which nothing is left open are equal. How many steps that takes is not told: it counts as if
 // it took some of those that it may.
 func (j *judge) equal(a, b *api.Term) bool {
-	j.spend(tree.Parts(a) + tree.Parts(b) + min(j.fuel, mostSteps)/64)
+	j.Spend(tree.Parts(a) + tree.Parts(b) + min(j.fuel, mostSteps)/64)
 	j.refresh()
 	equal, err := j.env.Equal(*a, *b, j.fuel)
 	pass(err)

@@ -4,6 +4,7 @@ import (
 	"slices"
 
 	"provekernel/api"
+	"provekernel/remake"
 	"provekernel/tree"
 )
 
@@ -28,7 +29,7 @@ func (j *judge) guess() {
 func (j *judge) guessParams(params []paramHole) {
 	for _, p := range params {
 		if h := j.terms[p.hole]; h.value == nil {
-			j.fill(p.hole, variableTerm(h.arity-1-p.number))
+			j.fill(p.hole, remake.Variable(h.arity-1-p.number))
 		}
 	}
 	j.settle()
@@ -49,9 +50,9 @@ func (j *judge) partsGuessed(a, b *api.Term) bool {
 	if !tree.Is(a, api.App) || !tree.Is(b, api.App) {
 		return false
 	}
-	found := len(j.trail)
+	found := j.found
 	return j.tried(func() bool {
-		return j.fits(&a.Args[0], &b.Args[0]) && j.fits(&a.Args[1], &b.Args[1]) && len(j.trail) > found
+		return j.fits(&a.Args[0], &b.Args[0]) && j.fits(&a.Args[1], &b.Args[1]) && j.found > found
 	})
 }
 
@@ -66,12 +67,12 @@ func (j *judge) looselyFilled(a, t *api.Term) bool {
 // loosened is a hole applied to different variables alone: it is made not to hang on others of its context, and is applied to new
 // ones in the place of other arguments. Of a variable that stands there twice the last place counts.
 func (j *judge) loosened(a *api.Term) (*api.Term, bool) {
-	head, args := spine(a)
-	number, _ := holeNumber(head)
+	head, args := remake.Spine(a)
+	number, _ := remake.HoleNumber(head)
 	met := map[int]int{}
 	made := slices.Clone(args)
 	for i := len(args) - 1; i >= 0; i-- {
-		local, ok := localNumber(j.headed(args[i]))
+		local, ok := remake.LocalNumber(j.headed(args[i]))
 		if _, twice := met[local]; ok && !twice {
 			met[local] = i
 			continue
@@ -84,14 +85,14 @@ func (j *judge) loosened(a *api.Term) (*api.Term, bool) {
 	}
 	var kept []int
 	for i := len(head.Args) - 1; i >= 0; i-- {
-		local, ok := localNumber(j.headed(&head.Args[i]))
+		local, ok := remake.LocalNumber(j.headed(&head.Args[i]))
 		if _, twice := met[local]; ok && !twice {
 			met[local] = i
 			kept = append(kept, i)
 		}
 	}
 	slices.Reverse(kept)
-	return applyTo(j.fewer(number, head, kept), made), true
+	return remake.Apply(j.fewer(number, head, kept), made...), true
 }
 
 // fewer is a hole that hangs on these of its variables alone.
@@ -105,25 +106,25 @@ func (j *judge) fewer(number int, t *api.Term, kept []int) *api.Term {
 	j.terms[made].typ = typ
 	var variables, args []api.Term
 	for _, i := range kept {
-		variables = append(variables, *variableTerm(old.arity - 1 - i))
+		variables = append(variables, *remake.Variable(old.arity - 1 - i))
 		args = append(args, t.Args[i])
 	}
-	j.fill(number, holeTerm(made, variables))
-	return holeTerm(made, args)
+	j.fill(number, remake.Hole(made, variables))
+	return remake.Hole(made, args)
 }
 
 // withFewer is a term of so many variables that has these alone; nil: others stand in it.
 func (j *judge) withFewer(t *api.Term, arity int, kept []int) *api.Term {
 	others := false
-	c := change{budget: &j.budget, put: func(leaf *api.Term, binders int) *api.Term {
+	c := remake.Change{Budget: &j.Budget, Put: func(leaf *api.Term, binders int) *api.Term {
 		if leaf.Kind != api.Var || leaf.N < binders {
 			return nil
 		}
 		place, ok := slices.BinarySearch(kept, arity-1-(leaf.N-binders))
 		others = others || !ok
-		return variableTerm(len(kept) - 1 - place + binders)
+		return remake.Variable(len(kept) - 1 - place + binders)
 	}}
-	made := c.under(j.solved(t), 0)
+	made := c.Under(j.solved(t), 0)
 	if others {
 		return nil
 	}

@@ -1,6 +1,11 @@
 package elab
 
-import "provekernel/api"
+import (
+	"slices"
+
+	"provekernel/api"
+	"provekernel/remake"
+)
 
 // hole: what is left open of a text, or of a type that is looked for. It hangs on the variables of its context, which are those
 // of its type and of what is found for it.
@@ -17,10 +22,11 @@ type levelHole struct {
 	value *api.Level // nil: it has not been found yet
 }
 
-// finding: which hole was found.
+// finding: which hole was found, or told anew with more that has been found put in.
 type finding struct {
 	isLevel bool
 	number  int
+	before  *api.Term // what was known of the hole; nil: nothing
 }
 
 // holes of a command, in the order in which they were made: those of its text first.
@@ -28,8 +34,10 @@ type holes struct {
 	terms  []hole
 	levels []levelHole
 	trail  []finding // what has been found, in order
+	found  int       // how many holes and levels that is
 	turns  int       // how often something has been found or taken back
 	trials int       // how many trials are going on, that may be taken back
+	larger int       // how many attempts are, likewise
 }
 
 // newHole makes a hole in a context of so many variables: its number.
@@ -41,100 +49,97 @@ func (h *holes) newHole(at, arity int) int {
 // newLevel makes a level that is left open.
 func (h *holes) newLevel(at int) api.Level {
 	h.levels = append(h.levels, levelHole{at: at})
-	return api.Level{Kind: api.Param, Name: markedName(holeMark, len(h.levels)-1)}
+	return remake.LevelHole(len(h.levels) - 1)
 }
 
 // fill fills a hole in.
 func (h *holes) fill(number int, value *api.Term) {
 	h.terms[number].value = value
-	h.trail = append(h.trail, finding{false, number})
+	h.trail = append(h.trail, finding{number: number})
+	h.found++
 	h.turns++
 }
 
 // fillLevel fills a level in.
 func (h *holes) fillLevel(number int, value *api.Level) {
 	h.levels[number].value = value
-	h.trail = append(h.trail, finding{true, number})
+	h.trail = append(h.trail, finding{isLevel: true, number: number})
+	h.found++
 	h.turns++
+}
+
+// retell puts a value in the place of one that is the same, but that less of what has been found is put in there.
+func (h *holes) retell(number int, value *api.Term) {
+	if h.trials+h.larger > 0 {
+		h.trail = append(h.trail, finding{number: number, before: h.terms[number].value})
+	}
+	h.terms[number].value = value
 }
 
 // takeBack empties what has been found since the trail had that length.
 func (h *holes) takeBack(length int) {
-	for _, f := range h.trail[length:] {
+	for _, f := range slices.Backward(h.trail[length:]) {
 		if f.isLevel {
 			h.levels[f.number].value = nil
 		} else {
-			h.terms[f.number].value = nil
+			h.terms[f.number].value = f.before
+		}
+		if f.before == nil {
+			h.found--
 		}
 	}
 	h.trail = h.trail[:length]
 	h.turns++
 }
 
-// holeNumber is the number of a hole; false: the term is none.
-func holeNumber(t *api.Term) (int, bool) {
-	if t.Kind != api.Const {
-		return 0, false
-	}
-	return marked(holeMark, t.Name)
-}
-
-// levelNumber is the number of a level that is left open; false: it is none.
-func levelNumber(l *api.Level) (int, bool) {
-	if l.Kind != api.Param {
-		return 0, false
-	}
-	return marked(holeMark, l.Name)
-}
-
 // isOpen tells whether the head of a term is a hole that has not been found.
 func (j *judge) isOpen(t *api.Term) bool {
-	number, ok := holeNumber(headOf(t))
+	number, ok := remake.HoleNumber(remake.HeadOf(t))
 	return ok && j.terms[number].value == nil
 }
 
 // solved is a term with all that has been found put in.
 func (j *judge) solved(t *api.Term) *api.Term {
-	c := change{budget: &j.budget, level: j.solvedLevel}
-	c.put = func(leaf *api.Term, binders int) *api.Term {
+	c := remake.Change{Budget: &j.Budget, Level: j.solvedLevel}
+	c.Put = func(leaf *api.Term, binders int) *api.Term {
 		value := j.valueOf(leaf)
 		if value == nil {
 			return nil
 		}
 		var args []*api.Term
 		for i := range leaf.Args {
-			args = append(args, c.under(&leaf.Args[i], binders))
+			args = append(args, c.Under(&leaf.Args[i], binders))
 		}
-		return j.filled(value, args)
+		return j.Filled(value, args)
 	}
-	return c.under(t, 0)
+	return c.Under(t, 0)
 }
 
 // valueOf is what has been found for a hole, with all in it that has been; nil: nothing, or the term is no hole. It is kept for
-// the next time, but while something is tried that may be taken back.
+// the next time.
 func (j *judge) valueOf(t *api.Term) *api.Term {
-	number, ok := holeNumber(t)
+	number, ok := remake.HoleNumber(t)
 	if !ok || j.terms[number].value == nil {
 		return nil
 	}
 	value := j.solved(j.terms[number].value)
-	if j.trials == 0 {
-		j.terms[number].value = value
+	if value != j.terms[number].value {
+		j.retell(number, value)
 	}
 	return value
 }
 
 // solvedLevel is a level with all that has been found put in: the very same, if that is nothing.
 func (j *judge) solvedLevel(l *api.Level) *api.Level {
-	j.spend(1)
-	if number, ok := levelNumber(l); ok {
+	j.Spend(1)
+	if number, ok := remake.LevelNumber(l); ok {
 		value := j.levels[number].value
 		if value == nil {
 			return l
 		}
 		return j.solvedLevel(value)
 	}
-	args, other := changed(l.Args, func(arg *api.Level, _ int) *api.Level { return j.solvedLevel(arg) })
+	args, other := remake.Parts(l.Args, func(arg *api.Level, _ int) *api.Level { return j.solvedLevel(arg) })
 	if !other {
 		return l
 	}
@@ -149,22 +154,22 @@ func (h *holes) isNew(number int) bool {
 // hasHole tells whether that hole stands in a term, as it will be when all that has been found is put in.
 func (j *judge) hasHole(t *api.Term, number int) bool {
 	stands := false
-	c := change{budget: &j.budget, put: func(leaf *api.Term, _ int) *api.Term {
-		found, ok := holeNumber(leaf)
+	c := remake.Change{Budget: &j.Budget, Put: func(leaf *api.Term, _ int) *api.Term {
+		found, ok := remake.HoleNumber(leaf)
 		stands = stands || ok && found == number
 		return nil
 	}}
-	c.under(j.solved(t), 0)
+	c.Under(j.solved(t), 0)
 	return stands
 }
 
 // firstHole is a place where something is left open in a term that is solved, or in what its lets stand for; false: nothing is.
 func (j *judge) firstHole(t *api.Term) (at int, ok bool) {
-	j.spend(1)
-	if number, isHole := holeNumber(t); isHole {
+	j.Spend(1)
+	if number, isHole := remake.HoleNumber(t); isHole {
 		return j.terms[number].at, true
 	}
-	if number, isLocal := localNumber(t); isLocal && j.locals[number].value != nil {
+	if number, isLocal := remake.LocalNumber(t); isLocal && j.locals[number].value != nil {
 		return j.firstHole(j.solved(j.locals[number].value))
 	}
 	for i := range t.Levels {
@@ -182,8 +187,8 @@ func (j *judge) firstHole(t *api.Term) (at int, ok bool) {
 
 // firstLevel is a place where something is left open in a level that is solved; false: nothing is.
 func (j *judge) firstLevel(l *api.Level) (at int, ok bool) {
-	j.spend(1)
-	if number, isHole := levelNumber(l); isHole {
+	j.Spend(1)
+	if number, isHole := remake.LevelNumber(l); isHole {
 		return j.levels[number].at, true
 	}
 	for i := range l.Args {

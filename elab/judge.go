@@ -4,6 +4,7 @@ import (
 	"provekernel/api"
 	"provekernel/fault"
 	"provekernel/reduce"
+	"provekernel/remake"
 	"provekernel/tree"
 )
 
@@ -16,12 +17,14 @@ type local struct {
 	typ   *api.Term
 	isLet bool      // it has a value, that the judge's environment knows
 	value *api.Term // of a let in whose value something is left open
+
+	closed bool // nothing is left open in its type
 }
 
 // judge finds what is left open in a text, so that the whole has a type. It throws the first fault that it meets.
 type judge struct {
 	*holes
-	budget
+	remake.Budget
 	state   *State
 	env     *reduce.Env // what has been added, and lets
 	hasLets bool        // whether it has some already
@@ -45,13 +48,13 @@ type declared struct {
 }
 
 func newJudge(s *State, h *holes, fuel int) *judge {
-	return &judge{holes: h, budget: budget{mostWork}, state: s, env: s.env, fuel: fuel, types: map[string]declared{}}
+	return &judge{holes: h, Budget: remake.Budget{Left: mostWork}, state: s, env: s.env, fuel: fuel, types: map[string]declared{}}
 }
 
 // newLocal makes a variable of that type: its number.
 func (j *judge) newLocal(typ *api.Term) int {
 	number := len(j.locals)
-	j.locals = append(j.locals, local{term: localTerm(number), typ: typ})
+	j.locals = append(j.locals, local{term: remake.Local(number), typ: typ})
 	return number
 }
 
@@ -94,9 +97,10 @@ func (j *judge) refresh() {
 	for _, number := range j.open {
 		value := j.solved(j.locals[number].value)
 		j.putLet(number, value)
-		if j.trials > 0 || j.hasHoles(value) {
+		switch {
+		case j.trials > 0 || j.hasHoles(value):
 			open = append(open, number)
-		} else {
+		case j.larger == 0:
 			j.locals[number].value = nil
 		}
 	}
@@ -106,17 +110,23 @@ func (j *judge) refresh() {
 // newType makes a hole for a type in that scope.
 func (j *judge) newType(s scope, at int) *api.Term { return j.anyType(s, len(s), at) }
 
-// put is a term with what its variables stand for put in.
-func (j *judge) put(o opened) *api.Term { return j.filled(o.term, o.args) }
+// boundBy is a term under binders of that kind, of these locals and their types.
+func (j *judge) boundBy(kind int, t *api.Term, locals []int) *api.Term {
+	made := j.Bound(t, locals)
+	for i := len(locals) - 1; i >= 0; i-- {
+		made = remake.Binder(kind, j.Bound(j.locals[locals[i]].typ, locals[:i]), made)
+	}
+	return made
+}
 
 // infer is the type of a node.
 func (j *judge) infer(n *node, s scope) *api.Term {
-	j.spend(1)
+	j.Spend(1)
 	switch n.kind {
 	case variable:
 		return j.locals[s[n.number]].typ
 	case universe:
-		return sortTerm(successor(n.levels[0]))
+		return remake.Sort(remake.Successor(n.levels[0]))
 	case named:
 		return j.constantType(n.name, n.levels)
 	case opening:
@@ -128,7 +138,7 @@ func (j *judge) infer(n *node, s scope) *api.Term {
 	case function:
 		return j.functionType(n, s)
 	case product:
-		return sortTerm(j.productLevel(n, s))
+		return remake.Sort(j.productLevel(n, s))
 	case binding:
 		return j.bindingType(n, s)
 	}
@@ -136,11 +146,11 @@ func (j *judge) infer(n *node, s scope) *api.Term {
 }
 
 // check looks whether a node has that type.
-func (j *judge) check(n *node, want opened, s scope) {
-	j.spend(1)
+func (j *judge) check(n *node, want remake.Opened, s scope) {
+	j.Spend(1)
 	switch n.kind {
 	case opening:
-		j.checkHole(n, j.put(want), s)
+		j.checkHole(n, j.Put(want), s)
 	case applied:
 		j.application(n, &want, s)
 	case function:
@@ -148,7 +158,7 @@ func (j *judge) check(n *node, want opened, s scope) {
 	case binding:
 		j.check(n.parts[2], want, s.with(j.let(n, s)))
 	default:
-		j.agree(j.infer(n, s), j.put(want), n.at)
+		j.agree(j.infer(n, s), j.Put(want), n.at)
 	}
 }
 
@@ -156,15 +166,15 @@ func (j *judge) check(n *node, want opened, s scope) {
 func (j *judge) checkHole(n *node, typ *api.Term, s scope) {
 	h := j.terms[n.number]
 	if h.typ != nil {
-		j.agree(j.filled(h.typ, j.localsOf(s)), typ, n.at)
+		j.agree(j.Filled(h.typ, j.localsOf(s)), typ, n.at)
 		return
 	}
-	h.typ = j.bound(typ, s)
+	h.typ = j.Bound(typ, s)
 	j.terms[n.number] = h
 	if h.value == nil {
 		return
 	}
-	if have, ok := j.typeOf(j.filled(h.value, j.localsOf(s))); ok {
+	if have, ok := j.typeOf(j.Filled(h.value, j.localsOf(s))); ok {
 		j.agree(have, typ, n.at)
 	}
 }
@@ -180,16 +190,16 @@ func (j *judge) localsOf(s scope) []*api.Term {
 
 // checkFunction is check of a fun, and of those that it begins with: as far as the type is a pi, that tells the types of the
 // variables.
-func (j *judge) checkFunction(n *node, want opened, s scope) {
+func (j *judge) checkFunction(n *node, want remake.Opened, s scope) {
 	for n.kind == function {
 		pi, ok := j.asPi(want)
 		if !ok {
-			j.agree(j.infer(n, s), j.put(want), n.at)
+			j.agree(j.infer(n, s), j.Put(want), n.at)
 			return
 		}
-		number := j.newLocal(j.binderType(n.parts[0], j.filled(&pi.term.Args[0], pi.args), s))
+		number := j.newLocal(j.binderType(n.parts[0], j.Filled(&pi.Term.Args[0], pi.Args), s))
 		s = s.with(number)
-		want = pi.with(&pi.term.Args[1], j.locals[number].term)
+		want = pi.With(&pi.Term.Args[1], j.locals[number].term)
 		n = n.parts[1]
 	}
 	j.check(n, want, s)
@@ -198,7 +208,7 @@ func (j *judge) checkFunction(n *node, want opened, s scope) {
 // binderType is the type of a binder that must be that type. Most are not written, and are just that then.
 func (j *judge) binderType(n *node, typ *api.Term, s scope) *api.Term {
 	if n.kind == opening && j.isNew(n.number) && !j.hasHole(typ, n.number) {
-		j.fill(n.number, j.bound(typ, s))
+		j.fill(n.number, j.Bound(typ, s))
 		return typ
 	}
 	j.sort(n, s)
@@ -208,12 +218,12 @@ func (j *judge) binderType(n *node, typ *api.Term, s scope) *api.Term {
 }
 
 // asPi is a type as a pi, as far as it is known; false: it is none.
-func (j *judge) asPi(typ opened) (opened, bool) {
-	if tree.Is(typ.term, api.Pi) {
+func (j *judge) asPi(typ remake.Opened) (remake.Opened, bool) {
+	if tree.Is(typ.Term, api.Pi) {
 		return typ, true
 	}
-	form := j.whnf(j.put(typ))
-	return opened{term: form}, tree.Is(form, api.Pi)
+	form := j.whnf(j.Put(typ))
+	return remake.Opened{Term: form}, tree.Is(form, api.Pi)
 }
 
 // functionType is the type of a fun, and of those that it begins with: all are bound at once.
@@ -250,7 +260,7 @@ func folded(levels []api.Level, last api.Level) api.Level {
 func (j *judge) let(n *node, s scope) int {
 	j.sort(n.parts[0], s)
 	typ := j.term(n.parts[0], s)
-	j.check(n.parts[1], opened{term: typ}, s)
+	j.check(n.parts[1], remake.Opened{Term: typ}, s)
 	return j.newLet(typ, j.term(n.parts[1], s))
 }
 
@@ -258,14 +268,14 @@ func (j *judge) let(n *node, s scope) int {
 func (j *judge) bindingType(n *node, s scope) *api.Term {
 	number := j.let(n, s)
 	typ := j.infer(n.parts[2], s.with(number))
-	return j.replaced(j.solved(typ), number, j.term(n.parts[1], s))
+	return j.Replaced(j.solved(typ), map[int]*api.Term{number: j.term(n.parts[1], s)})
 }
 
 // ascription looks at an expression that has its type beside it: that type.
 func (j *judge) ascription(n *node, s scope) *api.Term {
 	j.sort(n.parts[1], s)
 	typ := j.term(n.parts[1], s)
-	j.check(n.parts[0], opened{term: typ}, s)
+	j.check(n.parts[0], remake.Opened{Term: typ}, s)
 	return typ
 }
 
@@ -273,7 +283,7 @@ func (j *judge) ascription(n *node, s scope) *api.Term {
 func (j *judge) sort(n *node, s scope) api.Level {
 	if n.kind == opening {
 		l := j.newLevel(n.at)
-		j.checkHole(n, sortTerm(l), s)
+		j.checkHole(n, remake.Sort(l), s)
 		return l
 	}
 	form := j.whnf(j.infer(n, s))
@@ -284,20 +294,20 @@ func (j *judge) sort(n *node, s scope) api.Level {
 		fault.ThrowAt(api.FSort, n.at)
 	}
 	l := j.newLevel(n.at)
-	j.agree(form, sortTerm(l), n.at)
+	j.agree(form, remake.Sort(l), n.at)
 	return l
 }
 
 // argument: a node, and the type that it must have.
 type argument struct {
 	node *node
-	want opened
+	want remake.Opened
 }
 
 // application is the type of a function applied to arguments. The type that the whole must have, if one is told, is held against
 // it ahead of the arguments' types, for the most part: it says more of the arguments than they say of it.
-func (j *judge) application(n *node, want *opened, s scope) *api.Term {
-	left := opened{term: j.infer(n.parts[0], s)}
+func (j *judge) application(n *node, want *remake.Opened, s scope) *api.Term {
+	left := remake.Opened{Term: j.infer(n.parts[0], s)}
 	var args []argument
 	for _, part := range n.parts[1:] {
 		pi, ok := j.asPi(left)
@@ -306,43 +316,29 @@ func (j *judge) application(n *node, want *opened, s scope) *api.Term {
 			args = nil
 			pi = j.mustBePi(left, n, s)
 		}
-		args = append(args, argument{part, opened{&pi.term.Args[0], pi.args}})
-		left = j.behind(pi, part, s)
+		args = append(args, argument{part, remake.Opened{Term: &pi.Term.Args[0], Args: pi.Args}})
+		left = j.applied(pi, part, s)
 	}
-	typ := j.put(left)
+	typ := j.Put(left)
 	if want == nil || j.argsFirst {
 		j.checkAll(args, s)
 		args = nil
 	}
 	if want != nil {
-		j.agree(typ, j.put(*want), n.at)
+		j.agree(typ, j.Put(*want), n.at)
 	}
 	j.checkAll(args, s)
 	return typ
 }
 
-// behind is what stands behind a pi whose variable stands for a node. The node's term is not made where the variable does not
+// applied is what stands behind a pi whose variable stands for a node. The node's term is not made where the variable does not
 // stand: in functions of functions that would be done over and over.
-func (j *judge) behind(pi opened, n *node, s scope) opened {
-	body := &pi.term.Args[1]
-	if j.hasVariable(body, 0) {
-		return pi.with(body, j.term(n, s))
+func (j *judge) applied(pi remake.Opened, n *node, s scope) remake.Opened {
+	body := &pi.Term.Args[1]
+	if j.HasVariable(body, 0) {
+		return pi.With(body, j.term(n, s))
 	}
-	return pi.with(body, sortTerm(api.Level{}))
-}
-
-// hasVariable tells whether the variable of that number stands in a term.
-func (b *budget) hasVariable(t *api.Term, n int) bool {
-	b.spend(1)
-	if t.Kind == api.Var {
-		return t.N == n
-	}
-	for i := range t.Args {
-		if b.hasVariable(&t.Args[i], n+tree.Binders(t, i)) {
-			return true
-		}
-	}
-	return false
+	return pi.With(body, remake.Sort(api.Level{}))
 }
 
 // checkAll looks whether arguments have their types.
@@ -353,10 +349,10 @@ func (j *judge) checkAll(args []argument, s scope) {
 }
 
 // mustBePi is what is left of a function's type as a pi, of which nothing may be known yet. FFun: it is none.
-func (j *judge) mustBePi(left opened, n *node, s scope) opened {
-	form := j.whnf(j.put(left))
+func (j *judge) mustBePi(left remake.Opened, n *node, s scope) remake.Opened {
+	form := j.whnf(j.Put(left))
 	if tree.Is(form, api.Pi) {
-		return opened{term: form}
+		return remake.Opened{Term: form}
 	}
 	if !j.mayBecome(form) {
 		fault.ThrowAt(api.FFun, n.at)
@@ -366,5 +362,5 @@ func (j *judge) mustBePi(left opened, n *node, s scope) opened {
 	result := j.newType(within, n.at)
 	pi := j.boundBy(api.Pi, result, within[len(s):])
 	j.agree(form, pi, n.at)
-	return opened{term: pi}
+	return remake.Opened{Term: pi}
 }

@@ -1,6 +1,9 @@
 package elab
 
-import "provekernel/api"
+import (
+	"provekernel/api"
+	"provekernel/remake"
+)
 
 // kind of a node.
 type kind int
@@ -27,6 +30,8 @@ type node struct {
 	levels []api.Level
 	parts  []*node
 	made   *api.Term // the term, once it has been asked for where it stands
+
+	implicit []bool // of a constant that may have more arguments: the signs of these
 }
 
 // roomOfVariable: how much more a variable that is kept with a hole counts than a part of a term that is looked at.
@@ -53,7 +58,7 @@ func (j *judge) termUnder(n *node, s scope, depth int) *api.Term {
 }
 
 func (j *judge) termOf(n *node, s scope, depth int) *api.Term {
-	j.spend(1)
+	j.Spend(1)
 	switch n.kind {
 	case variable:
 		return j.variable(s, n.number, depth)
@@ -77,7 +82,7 @@ func (j *judge) termOf(n *node, s scope, depth int) *api.Term {
 
 // openingOf is termOf a hole. Where no local stands around, it is what has been found for it, as that is kept.
 func (j *judge) openingOf(n *node, s scope, depth int) *api.Term {
-	t := holeTerm(n.number, nil)
+	t := remake.Hole(n.number, nil)
 	if value := j.valueOf(t); value != nil && len(s) == 0 {
 		return value
 	}
@@ -107,12 +112,12 @@ func (j *judge) variable(s scope, number, depth int) *api.Term {
 	if number < len(s) {
 		return j.locals[s[number]].term
 	}
-	return variableTerm(depth - 1 - number)
+	return remake.Variable(depth - 1 - number)
 }
 
 // variables are all that stand around something, the outermost first. They take up much room, where there are many: that counts.
 func (j *judge) variables(s scope, depth int) []api.Term {
-	j.spend(roomOfVariable * depth)
+	j.Spend(roomOfVariable * depth)
 	all := make([]api.Term, depth)
 	for number := range all {
 		all[number] = *j.variable(s, number, depth)

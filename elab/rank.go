@@ -4,6 +4,7 @@ import (
 	"provekernel/api"
 	"provekernel/fault"
 	"provekernel/level"
+	"provekernel/remake"
 	"provekernel/tree"
 )
 
@@ -29,7 +30,7 @@ func (j *judge) levelsFit(a, b *api.Level) bool {
 
 // levelFilled makes a level that is left open another one, if it is left open and does not stand in that.
 func (j *judge) levelFilled(a, b *api.Level) bool {
-	number, ok := levelNumber(a)
+	number, ok := remake.LevelNumber(a)
 	if !ok || j.standsIn(number, b) {
 		return false
 	}
@@ -39,7 +40,7 @@ func (j *judge) levelFilled(a, b *api.Level) bool {
 
 // standsIn tells whether a level that is left open stands in a level that is solved.
 func (j *judge) standsIn(number int, l *api.Level) bool {
-	if found, ok := levelNumber(l); ok && found == number {
+	if found, ok := remake.LevelNumber(l); ok && found == number {
 		return true
 	}
 	for i := range l.Args {
@@ -74,12 +75,12 @@ func (j *judge) partsFit(a, b *api.Level) bool {
 	case isParameter(a) && b.Kind == api.Succ, isParameter(b) && a.Kind == api.Succ:
 		return false // a parameter may be worth 0
 	}
-	return j.wait(sortTerm(*a), sortTerm(*b))
+	return j.wait(remake.Sort(*a), remake.Sort(*b))
 }
 
 // isParameter tells whether a level is a parameter of the declaration.
 func isParameter(l *api.Level) bool {
-	_, open := levelNumber(l)
+	_, open := remake.LevelNumber(l)
 	return l.Kind == api.Param && !open
 }
 
@@ -87,7 +88,7 @@ func isParameter(l *api.Level) bool {
 func plainer(l api.Level) api.Level {
 	switch l.Kind {
 	case api.Succ:
-		return successor(plainer(l.Args[0]))
+		return remake.Successor(plainer(l.Args[0]))
 	case api.Max:
 		return greater(plainer(l.Args[0]), plainer(l.Args[1]))
 	case api.IMax:
@@ -111,7 +112,7 @@ func greater(a, b api.Level) api.Level {
 	case b.Kind == api.Zero:
 		return a
 	case a.Kind == api.Succ && b.Kind == api.Succ:
-		return successor(greater(a.Args[0], b.Args[0]))
+		return remake.Successor(greater(a.Args[0], b.Args[0]))
 	}
 	return api.Level{Kind: api.Max, Args: []api.Level{a, b}}
 }

@@ -109,16 +109,31 @@ func TestNotFound(t *testing.T) {
 	}
 }
 
-// Theorems by tactics are told as what no tactic can do yet; their types' names are looked at.
-func TestTactics(t *testing.T) {
-	refused(t, "theorem a : zero = zero by refl.", "FTactic at 27")
-	refused(t, "theorem a (n : Nat) : n = n -> n = n by intro h; exact h.", "FTactic at 40")
+// The type of a theorem by tactics: what the kernel says of it goes ahead of the proof; what it leaves open may be found by that.
+func TestTypesOfTheorems(t *testing.T) {
+	for _, c := range [][2]string{
+		{"theorem zero : Nat by refl.", "FTwice at 0"}, {"theorem a.{u, u} : Nat by refl.", "FParam at 0"}, {"theorem a : Sort u by refl.", "FParam at 0"}, {"theorem a : zero by refl.", "FSort at 0"},
+		{"theorem a (n : zero) : Nat by refl.", "FSort at 0"}, {"theorem a : zero = zero zero by refl.", "FFun at 19"}, {"theorem a : id.{1, 2} zero = zero by refl.", "FLevels at 0"}, {"theorem a : P Nat by refl.", "FArg at 0"}, {"theorem a : zero = Nat by refl.", "FArg at 19"},
+		{"theorem a : (P zero : Nat) by refl.", "FArg at 13"}, {"theorem a : (P (zero : Prop) : Prop) by refl.", "FArg at 16"}, {"theorem a (n : _) : Nat by exact zero.", "FStuck at 15"}, {"theorem a : _ by refl.", "FTactic at 17"}, {"theorem a : (fun (x : _) => Nat) _ by exact zero.", "FStuck at 22"},
+	} {
+		refused(t, c[0], c[1])
+	}
+	for _, c := range [][2]string{
+		{"theorem a : _ by exact zero.", "(def a () (const Nat) (const zero))"},
+		{"theorem a (n : _) : Nat by exact succ n.", "(def a () (pi (const Nat) (const Nat)) (lam (const Nat) (app (const succ) #0)))"},
+		{"theorem a : (Nat : Type) by exact zero.", "(def a () (const Nat) (const zero))"},
+		{"theorem a : forall (n : _), n = zero -> Nat by intro n h; exact n.", "(def a () (pi (const Nat) (pi (app (app (app (const Eq (s 0)) (const Nat)) #0) (const zero)) (const Nat))) (lam (const Nat) (lam (app (app (app (const Eq (s 0)) (const Nat)) #0) (const zero)) #1)))"},
+		{"theorem a (A : Prop) : id (A -> A) by intro x; exact x.", "(def a () (pi (sort 0) (app (app (const id (s (imax 0 0))) (sort (imax 0 0))) (pi #0 #1))) (lam (sort 0) (lam #0 #0)))"},
+		{"theorem a : Exists P by exists zero; exact p.", "(def a () (app (app (const Exists (s 0)) (const Nat)) (const P)) (app (app (app (app (const intro (s 0)) (const Nat)) (const P)) (const zero)) (app (const p) (const zero))))"},
+	} {
+		becomes(t, c[0], c[1])
+	}
 }
 
 // A command with a fault leaves the state as it was, and the next one runs.
 func TestFaultsLeaveTheState(t *testing.T) {
 	for _, wrong := range []string{
-		"def a : Nat := nothing.", "def a : Nat := _.", "def a : Nat := id succ.", "def a : zero := zero.", "inductive a : Type | c : (a -> Nat) -> a.", "inductive a : Type | c : a | d : b.", "axiom a.{u, u} : Prop.", "theorem a : zero = zero by refl.",
+		"def a : Nat := nothing.", "def a : Nat := _.", "def a : Nat := id succ.", "def a : zero := zero.", "inductive a : Type | c : (a -> Nat) -> a.", "inductive a : Type | c : a | d : b.", "axiom a.{u, u} : Prop.", "theorem a : zero = one by refl.", "theorem a : zero = zero by simpl.", "theorem a (n : Nat) : n = n by induction n; refl; exact nothing.", "theorem a : Nat by apply (pick zero zero).", "theorem a : Nat by exact let x : Nat := zero in id x x.",
 		"def a : Nat := let x : Nat := zero in id x x.", "inductive a (n : _) : Type | c : Type -> a n.",
 	} {
 		s, twin := worldState(t), worldState(t)

@@ -2,8 +2,11 @@ package elab
 
 import (
 	"provekernel/api"
+	"provekernel/file"
 	"provekernel/reduce"
+	"provekernel/tactic"
 	"provekernel/telescope"
+	"provekernel/term"
 )
 
 // constant: what must be known of one beside its type.
@@ -12,7 +15,16 @@ type constant struct {
 	params   int    // how many levels it has
 	moves    bool   // it may take a step where it is the head
 	major    int    // of a recursor: the number of the argument that decides whether it takes one; of others below 0
+
+	family     *tactic.Family // nil: it is none
+	isEquality bool           // it is the Eq of the library
 }
+
+// equality is the constant that the sign = means.
+const equality = "Eq"
+
+// libraryEquality is that constant's family, as the library has it.
+const libraryEquality = "(inductive Eq (u) 2 (pi (sort u) (pi #0 (pi #1 (sort 0)))) (ctor refl (pi (sort u) (pi #0 (app (app (app (const Eq u) #1) #0) #0)))))"
 
 // find is what is known of a constant; false: there is none of that name.
 func (s *State) find(name string) (constant, bool) {
@@ -27,15 +39,33 @@ func (s *State) keep(c *api.Command, d api.Decl) {
 	if d.Kind != api.Inductive {
 		made.implicit = append(made.implicit, ofForalls(&c.Type)...)
 	}
-	s.known[d.Name] = made
 	if d.Kind == api.Inductive {
-		s.keepParts(c, d)
+		made.family, made.isEquality = s.keepParts(c, d), isEquality(d)
 	}
+	s.known[d.Name] = made
 }
 
-// keepParts remembers a family's constructors and its recursor.
-func (s *State) keepParts(c *api.Command, d api.Decl) {
+// isEquality tells whether a family is the library's equality, but for the name of its level's parameter.
+func isEquality(d api.Decl) bool {
+	if d.Name != equality || len(d.Params) != 1 || len(d.Ctors) != 1 {
+		return false
+	}
+	u := api.Level{Kind: api.Param, Name: "u"}
+	put := func(t api.Term) api.Term { return term.Levels(t, d.Params, []api.Level{u}) }
+	ctor := api.Ctor{Name: d.Ctors[0].Name, Type: put(d.Ctors[0].Type)}
+	named := api.Decl{Kind: d.Kind, Name: d.Name, Params: []string{u.Name}, Type: put(d.Type), Arity: d.Arity, Ctors: []api.Ctor{ctor}}
+	return file.Print(named) == libraryEquality
+}
+
+// keepParts remembers a family's constructors and its recursor: what tactics must know of it.
+func (s *State) keepParts(c *api.Command, d api.Decl) *tactic.Family {
+	rec := reduce.Recursor(d.Name)
+	params, _, _ := s.env.Type(rec)
+	types, _ := telescope.Of(d.Type)
+	s.known[rec] = constant{params: len(params), moves: true, major: len(types) + 1 + len(d.Ctors)}
+	f := &tactic.Family{Params: d.Arity, Indices: len(types) - d.Arity, Levels: len(d.Params), Recursor: rec, RecursorLevels: len(params)}
 	for i := range c.Ctors {
+		f.Ctors = append(f.Ctors, c.Ctors[i].Name)
 		signs := make([]bool, 0, len(c.Binders))
 		for range c.Binders {
 			signs = append(signs, true)
@@ -43,10 +73,7 @@ func (s *State) keepParts(c *api.Command, d api.Decl) {
 		signs = append(signs, ofForalls(&c.Ctors[i].Type)...)
 		s.known[c.Ctors[i].Name] = constant{implicit: signs, params: len(d.Params), major: -1}
 	}
-	rec := reduce.Recursor(d.Name)
-	params, _, _ := s.env.Type(rec)
-	types, _ := telescope.Of(d.Type)
-	s.known[rec] = constant{params: len(params), moves: true, major: len(types) + 1 + len(d.Ctors)}
+	return f
 }
 
 // ofBinders are the signs of a command's binders.

@@ -11,6 +11,7 @@ import (
 	"provekernel/file"
 	"provekernel/kernel"
 	"provekernel/reduce"
+	"provekernel/remake"
 	"provekernel/syntax"
 	"provekernel/tree"
 )
@@ -73,7 +74,7 @@ func (s *speller) expr(t *api.Term) api.Expr {
 	e := api.Expr{Kind: api.XFun, Name: name, Implicit: s.Intn(4) == 0, Args: []api.Expr{typ, body}}
 	if t.Kind == api.Pi {
 		e.Kind = api.XForall
-		if var0 := (&budget{1 << 30}).hasVariable(&t.Args[1], 0); !var0 && s.Intn(2) == 0 {
+		if var0 := (&remake.Budget{Left: 1 << 30}).HasVariable(&t.Args[1], 0); !var0 && s.Intn(2) == 0 {
 			e.Name, e.Implicit = "", false
 			s.names = append(s.names, "")
 			e.Args[1] = s.expr(&t.Args[1])
@@ -289,7 +290,7 @@ func TestSpeltAscriptions(t *testing.T) {
 func TestSpeltLimits(t *testing.T) {
 	l := api.Level{}
 	for range 99 {
-		l = successor(l)
+		l = remake.Successor(l)
 	}
 	name := strings.Repeat("N", 35) + "_'9"
 	ds, err := file.Parse("(axiom " + name + " (u " + name + ") (sort (imax u " + name + ")))")
@@ -297,7 +298,7 @@ func TestSpeltLimits(t *testing.T) {
 		t.Fatal(err)
 	}
 	sort := ds[0]
-	sort.Name, sort.Type = "high99", *sortTerm(l)
+	sort.Name, sort.Type = "high99", *remake.Sort(l)
 	for _, d := range append(ds, sort) {
 		b := &both{New(), reduce.New()}
 		c, _ := (&speller{Rand: rand.New(rand.NewSource(1)), env: b.env}).command(d)

@@ -121,4 +121,18 @@ func TestOddTrees(t *testing.T) {
 	if err := s.Run(api.Command{Kind: api.CTheorem, At: 5, Name: "b", Type: api.Expr{Kind: api.XHole}, ByTactics: true}, 100); shown(err, 0) != "FTactic at 5" {
 		t.Errorf("a proof without tactics: %s", shown(err, 0))
 	}
+	for kind := range 16 {
+		for lacks := range 3 {
+			odd := api.Tactic{Kind: kind, At: 7, Names: []string{"x"}, Exprs: []api.Expr{{Kind: api.XHole}}}
+			if lacks == 1 {
+				odd.Names = nil
+			} else if lacks == 2 {
+				odd.Exprs = nil
+			}
+			c := api.Command{Kind: api.CTheorem, At: 5, Name: "b", Type: api.Expr{Kind: api.XName, Name: "Nat"}, ByTactics: true, Tactics: []api.Tactic{odd}}
+			if got := shown(s.Run(c, 100), 0); (kind == 0 || kind > api.TSymm) && got != "FText at 7" {
+				t.Errorf("a tactic of kind %d: %s", kind, got)
+			}
+		}
+	}
 }

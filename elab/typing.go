@@ -3,6 +3,7 @@ package elab
 import (
 	"provekernel/api"
 	"provekernel/fault"
+	"provekernel/remake"
 	"provekernel/tree"
 )
 
@@ -16,9 +17,9 @@ func (j *judge) constantType(name string, levels []api.Level) *api.Term {
 		return &known.typ
 	}
 	stays := func(*api.Term, int) *api.Term { return nil }
-	c := change{budget: &j.budget, put: stays}
-	c.level = func(l *api.Level) *api.Level { return j.leveled(l, known.params, levels) }
-	return c.under(&known.typ, 0)
+	c := remake.Change{Budget: &j.Budget, Put: stays}
+	c.Level = func(l *api.Level) *api.Level { return j.leveled(l, known.params, levels) }
+	return c.Under(&known.typ, 0)
 }
 
 // declared is what is known of a constant; of the family in its constructors: what is said of it so far.
@@ -36,7 +37,7 @@ func (j *judge) declared(name string) declared {
 
 // leveled is a level with these in the place of parameters: the very same, if it has none of them.
 func (j *judge) leveled(l *api.Level, params []string, levels []api.Level) *api.Level {
-	j.spend(1)
+	j.Spend(1)
 	if l.Kind == api.Param {
 		for i, name := range params {
 			if name == l.Name {
@@ -45,7 +46,7 @@ func (j *judge) leveled(l *api.Level, params []string, levels []api.Level) *api.
 		}
 		return l
 	}
-	args, other := changed(l.Args, func(arg *api.Level, _ int) *api.Level { return j.leveled(arg, params, levels) })
+	args, other := remake.Parts(l.Args, func(arg *api.Level, _ int) *api.Level { return j.leveled(arg, params, levels) })
 	if !other {
 		return l
 	}
@@ -55,11 +56,11 @@ func (j *judge) leveled(l *api.Level, params []string, levels []api.Level) *api.
 // typeOf is the type that a term has, if it has one: it does not look whether arguments have the types that they must have.
 // false: it has none, or it is not known yet.
 func (j *judge) typeOf(t *api.Term) (*api.Term, bool) {
-	j.spend(1)
+	j.Spend(1)
 	t = j.headed(t)
 	switch {
 	case tree.Is(t, api.Sort):
-		return sortTerm(successor(t.Levels[0])), true
+		return remake.Sort(remake.Successor(t.Levels[0])), true
 	case t.Kind == api.Const:
 		return j.leafType(t), true
 	case tree.Is(t, api.App):
@@ -69,17 +70,17 @@ func (j *judge) typeOf(t *api.Term) (*api.Term, bool) {
 	case tree.Is(t, api.Pi):
 		return j.piType(t)
 	case tree.Is(t, api.Let):
-		return j.typeOf(j.filled(&t.Args[2], []*api.Term{&t.Args[1]}))
+		return j.typeOf(j.Filled(&t.Args[2], []*api.Term{&t.Args[1]}))
 	}
 	return nil, false
 }
 
 // leafType is the type of a local, a hole or a constant. A hole of the text that has not been looked at yet has some type.
 func (j *judge) leafType(t *api.Term) *api.Term {
-	if number, ok := localNumber(t); ok {
+	if number, ok := remake.LocalNumber(t); ok {
 		return j.locals[number].typ
 	}
-	number, ok := holeNumber(t)
+	number, ok := remake.HoleNumber(t)
 	if !ok {
 		return j.constantType(t.Name, t.Levels)
 	}
@@ -87,43 +88,43 @@ func (j *judge) leafType(t *api.Term) *api.Term {
 		typ := j.anyType(nil, j.terms[number].arity, j.terms[number].at)
 		j.terms[number].typ = typ
 	}
-	return j.filled(j.terms[number].typ, partsOf(t))
+	return j.Filled(j.terms[number].typ, remake.PartsOf(t))
 }
 
 // anyType is a hole for a type, with so many variables around it: those behind the scope's are variables in it.
 func (j *judge) anyType(s scope, depth, at int) *api.Term {
-	typ := sortTerm(j.newLevel(at))
+	typ := remake.Sort(j.newLevel(at))
 	number := j.newHole(at, depth)
 	j.terms[number].typ = typ
-	return holeTerm(number, j.variables(s, depth))
+	return remake.Hole(number, j.variables(s, depth))
 }
 
 func (j *judge) applicationType(t *api.Term) (*api.Term, bool) {
-	head, args := spine(t)
+	head, args := remake.Spine(t)
 	typ, ok := j.typeOf(head)
-	left := opened{term: typ}
+	left := remake.Opened{Term: typ}
 	for _, arg := range args {
 		if !ok {
 			return nil, false
 		}
 		if left, ok = j.asPi(left); ok {
-			left = left.with(&left.term.Args[1], arg)
+			left = left.With(&left.Term.Args[1], arg)
 		}
 	}
 	if !ok {
 		return nil, false
 	}
-	return j.put(left), true
+	return j.Put(left), true
 }
 
 func (j *judge) lamType(t *api.Term) (*api.Term, bool) {
 	var numbers []int
 	var locals []*api.Term
 	for ; tree.Is(t, api.Lam); t = &t.Args[1] {
-		number := j.newLocal(j.filled(&t.Args[0], locals))
+		number := j.newLocal(j.Filled(&t.Args[0], locals))
 		numbers, locals = append(numbers, number), append(locals, j.locals[number].term)
 	}
-	typ, ok := j.typeOf(j.filled(t, locals))
+	typ, ok := j.typeOf(j.Filled(t, locals))
 	if !ok {
 		return nil, false
 	}
@@ -134,7 +135,7 @@ func (j *judge) piType(t *api.Term) (*api.Term, bool) {
 	var levels []api.Level
 	var locals []*api.Term
 	for ; tree.Is(t, api.Pi); t = &t.Args[1] {
-		typ := j.filled(&t.Args[0], locals)
+		typ := j.Filled(&t.Args[0], locals)
 		l, ok := j.levelOf(typ)
 		if !ok {
 			return nil, false
@@ -142,8 +143,8 @@ func (j *judge) piType(t *api.Term) (*api.Term, bool) {
 		levels = append(levels, l)
 		locals = append(locals, j.newVariable(typ))
 	}
-	last, ok := j.levelOf(j.filled(t, locals))
-	return sortTerm(folded(levels, last)), ok
+	last, ok := j.levelOf(j.Filled(t, locals))
+	return remake.Sort(folded(levels, last)), ok
 }
 
 // levelOf is the level of the sort that is the type of a term; false: it is none, or not known yet.
@@ -160,5 +161,5 @@ func (j *judge) levelOf(t *api.Term) (api.Level, bool) {
 		return api.Level{}, false
 	}
 	l := j.newLevel(j.place)
-	return l, j.fits(form, sortTerm(l))
+	return l, j.fits(form, remake.Sort(l))
 }
