@@ -55,7 +55,7 @@ func (b *bench) FamilyOf(name string) (tactic.Family, bool) {
 
 func (b *bench) LevelOf(typ *api.Term) (api.Level, bool) {
 	l, ok := b.levelOf(typ)
-	return *b.solvedLevel(&l), ok
+	return plainer(*b.solvedLevel(&l)), ok
 }
 
 func (b *bench) Normal(t *api.Term) *api.Term {

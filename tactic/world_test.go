@@ -171,3 +171,26 @@ func isValue(t *testing.T, text, want string) {
 		t.Errorf("%s becomes %s, want %s", text, got, want)
 	}
 }
+
+// equalityFits tells whether @Eq.{1} Nat zero zero is a Prop where Eq is declared so.
+func equalityFits(declared string) bool {
+	return declared != "" && !strings.Contains(declared, "Eq {A : Type}") && !strings.Contains(declared, "A -> Type")
+}
+
+// emptyState is a state that knows the commands of a text, and nothing else.
+func emptyState(t *testing.T, text string) *elab.State {
+	t.Helper()
+	s := elab.New()
+	for _, c := range parsed(t, text) {
+		if err := s.Run(c, 3000); err != nil {
+			t.Fatalf("%s: %s", c.Name, shown(err))
+		}
+	}
+	return s
+}
+
+// codeOf is the text of a fault's code.
+func codeOf(err error) string {
+	code, _, _ := strings.Cut(shown(err), " ")
+	return code
+}
