@@ -90,6 +90,7 @@ func TestFoundGoals(t *testing.T) {
 		axiom f (A : Type) (a : A) (b : A) : P zero. theorem t : P zero by apply (f _); exact zero; exact one.
 		axiom R : (Nat -> Nat) -> Nat -> Prop. axiom f (g : Nat -> Nat) (x : Nat) : R g (g x). theorem t : R succ one by apply f.
 		axiom R : Nat -> Prop. axiom f (g : Nat -> Nat) (x : Nat) : R (g x). theorem t : R one by apply f; exact succ.
+		axiom f {g : Nat -> Nat} {x : Nat} (h : P (g x)) : P zero. theorem t (h : P (succ zero)) : P zero by apply f; exact h.
 	`)
 	allFail(t, `
 		axiom R : Nat -> Prop. axiom f (g : Nat -> Nat) (x : Nat) : R (g x). theorem t : R one by apply f; exact succ; ||exact zero.

@@ -66,6 +66,7 @@ func TestIndices(t *testing.T) {
 		theorem t (A : Type) (n m : Nat) (x : Two A n m) : Two A m n by induction x; exact turn b a ih; exact start a.
 		theorem t (n : Nat) (l : Le n n) : n = n by induction l; refl; refl.
 		theorem t (A : Type) (a : A) (h : a = a) : a = a by cases h; refl.
+		theorem t (A : Type) (n : Nat) (v : Vec A n) (w : Vec A n) (h : v = w) (k : h = h) : Vec A n by cases h; cases n; exact w; exact w.
 	`)
 	allFail(t, `
 		theorem t (A : Type) (v : Vec A zero) : v = v by ||cases v.
@@ -78,6 +79,7 @@ func TestIndices(t *testing.T) {
 		theorem t (A : Type) (n : Nat) (x : Two A zero n) : n = n by ||induction x.
 		theorem t (n : Nat) (h : n = zero) : zero = n by ||cases h.
 		theorem t (h : zero = zero) : zero = zero by ||cases h.
+		theorem t (A : Type) (a : A) (h : a = a) : h = refl by ||cases h; refl.
 	`)
 }
 
@@ -98,12 +100,16 @@ func TestWhatHangs(t *testing.T) {
 		theorem t (a : Nat) (n : Nat) (h : P a) : P a by cases n; exact h; exact h.
 		theorem t (n : Nat) (h : P n -> P zero) : P n -> P zero by induction n; exact h; exact (h : P (succ a) -> P zero).
 		theorem t (n : Nat) (h : P n) : (P zero -> P zero) by induction n; intro g; exact h; exact (fun g => g : P zero -> P zero).
+		theorem t (n : Nat) (F : Vec Nat n -> Prop) (v : Vec Nat n) (h : F v) : F v by cases n; exact h; exact h.
+		theorem t (n : Nat) (F : Vec Nat n -> Prop) (v : Vec Nat n) (h : F v) (m : Nat) : F v by induction m; exact h; exact h.
 		theorem t (n : Nat) (h : P n) : P zero -> P zero by induction n; exact fun g => h; have k : P a -> P zero -> P zero; exact ih; exact fun g => g.
 	`)
 	allFail(t, `
 		theorem t (n : Nat) (h : P n) : P n by cases n; ||exact (h : P one); exact h.
 		theorem t (n m : Nat) (h : P n) (e : n = m) : P m by cases e; ||exact (h : P m).
 		theorem t (n : Nat) (h : P n) : P n by induction n; exact h; ||exact ih.
+		theorem t (n : Nat) (h : P n) : P n by cases n; have k : P n; ||assumption; exact h; exact h.
+		theorem t (n : Nat) (h : P n) (g : forall (k : P n), Nat) : P n by cases n; have k : P n; ||assumption; exact h; exact h.
 	`)
 	// they stand behind the constructor's arguments and hypotheses, in their order
 	isValue(t, "theorem t (n : Nat) (h : P n) (k : P n) : P n by cases n; assumption; assumption.",
@@ -162,5 +168,10 @@ func TestVariableStays(t *testing.T) {
 		theorem t (A B : Prop) (h : And A B) : And A B by cases h; exact h.
 		theorem t (n m : Nat) (e : n = m) : Nat by cases e; exact m.
 		theorem t (n : Nat) : Nat by induction n; exact n; exact add n a.
+		theorem t (n : Prop) (n : Nat) : n = n by cases n; refl; refl.
+		theorem t (n : Prop) (n : Nat) : n = n by induction n; refl; refl.
 	`)
+	// a hypothesis that cases has no name for is no variable
+	isValue(t, "theorem t (n : Nat) : Nat by cases n; exact zero; assumption.", "(app (app (app (app (const Nat.rec (s 0)) (lam (const Nat) (const Nat))) (const zero)) (lam (const Nat) (lam (const Nat) #1))) #0)")
+	isValue(t, "theorem t (n : Nat) : Nat by induction n; exact zero; assumption.", "(app (app (app (app (const Nat.rec (s 0)) (lam (const Nat) (const Nat))) (const zero)) (lam (const Nat) (lam (const Nat) #0))) #0)")
 }

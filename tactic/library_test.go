@@ -69,3 +69,14 @@ func TestLibrary(t *testing.T) {
 		}
 	}
 }
+
+// The example of the document.
+func TestExample(t *testing.T) {
+	s := emptyState(t, "inductive Eq.{u} {A : Sort u} (a : A) : A -> Prop | refl : Eq a a. inductive Nat : Type | zero : Nat | succ : Nat -> Nat. "+
+		"def add (m n : Nat) : Nat := Nat.rec (fun x => Nat) m (fun k r => succ r) n. theorem cong {A B : Type} (f : A -> B) {a b : A} : a = b -> f a = f b by intro h; rewrite h; refl. "+
+		"theorem zeroAdd : forall (n : Nat), add zero n = n by intro n; induction n; refl; exact cong succ ih.")
+	if n := len(s.Env().Decls()); n != 5 {
+		t.Errorf("there are %d declarations", n)
+	}
+	isRight(t, "the example", s)
+}
