@@ -45,7 +45,7 @@ func TestEnv(t *testing.T) {
 
 // What is handed over is only read, and not kept; what is answered hangs on it and on what has run alone.
 func TestOnlyRead(t *testing.T) {
-	cs, twins := parsed(t, world+library), parsed(t, world+library)
+	cs, twins := parsed(t, world+library+proofs), parsed(t, world+library+proofs)
 	s, other := New(), New()
 	for i := range cs {
 		first, second := s.Run(cs[i], 3000), other.Run(twins[i], 3000)
@@ -94,6 +94,14 @@ func spoil(c *api.Command) {
 	for i := range c.Ctors {
 		expr(&c.Ctors[i].Type)
 		c.Ctors[i].Name = "spoilt"
+	}
+	for i := range c.Tactics {
+		for k := range c.Tactics[i].Names {
+			c.Tactics[i].Names[k] = "spoilt"
+		}
+		for k := range c.Tactics[i].Exprs {
+			expr(&c.Tactics[i].Exprs[k])
+		}
 	}
 	expr(&c.Type)
 	expr(&c.Value)
