@@ -51,7 +51,7 @@ func (s *State) attempt(c *api.Command, fuel int, argsFirst bool) (api.Decl, err
 
 // tryOut throws what the kernel says of a declaration, where its word goes ahead of that on ascriptions, of which it sees nothing.
 func (s *State) tryOut(d api.Decl, fuel int) {
-	if code, _ := api.Code(kernel.Add(s.env.Copy(), d, fuel)); code != 0 {
+	if code, _ := api.Code(kernel.Look(s.env, d, fuel)); code != 0 {
 		fault.Throw(code)
 	}
 }

@@ -166,13 +166,20 @@ func seen(e *reduce.Env, more ...string) string {
 }
 
 // adds: what Add says of a declaration. If it is right it has been added, and nothing else; if not, the environment is as it was.
-// What is handed over stays as it was.
+// What is handed over stays as it was. Look has said the same, and has added nothing.
 func adds(t testing.TB, e *reduce.Env, d api.Decl, fuel int) string {
 	t.Helper()
 	text, ahead, before := file.Print(d), e.Decls(), seen(e, names(d)...)
 	kept, rec := handed(d), d.Name+".rec"
 	recKnown := e.Known(rec) || d.Kind == api.Inductive
+	looked := said(Look(e, d, fuel))
+	if seen(e, names(d)...) != before {
+		t.Errorf("Look(%.200s) makes the environment another one", text)
+	}
 	got := said(Add(e, d, fuel))
+	if looked != got {
+		t.Errorf("Look(%.200s): %s, Add: %s", text, looked, got)
+	}
 	if !reflect.DeepEqual(d, kept) {
 		t.Errorf("Add(%.200s) changes what is handed over: %.200s", text, file.Print(d))
 	}
