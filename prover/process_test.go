@@ -79,6 +79,22 @@ func TestAllAdded(t *testing.T) {
 	}
 }
 
+// The document's examples of the language and of tactics.
+func TestExamples(t *testing.T) {
+	text := "inductive Eq.{u} {A : Sort u} (a : A) : A -> Prop | refl : Eq a a. inductive Nat : Type | zero : Nat | succ : Nat -> Nat. def add (m n : Nat) : Nat := Nat.rec (fun x => Nat) m (fun k r => succ r) n. " +
+		"theorem cong {A B : Type} (f : A -> B) {a b : A} : a = b -> f a = f b by intro h; rewrite h; refl. theorem zeroAdd : forall (n : Nat), add zero n = n by intro n; induction n; refl; exact cong succ ih."
+	r := prover.Process(text, 3000)
+	if r.Err != nil || r.Added != 5 || strings.Join(r.Names, " ") != "Eq Nat add cong zeroAdd" {
+		t.Errorf("%d added, %v, %s", r.Added, r.Names, shown(r.Err))
+	}
+	tells(t, text, r)
+	holds(t, text, r, 3000, 0)
+	want := "(def f () (app (const List 0) (const Nat)) (app (app (app (const cons 0) (const Nat)) (const zero)) (app (const nil 0) (const Nat))))\n"
+	if r := prover.Process(lib.Text()+"def f : List Nat := cons zero nil.", 3000); r.Err != nil || !strings.HasSuffix(r.Text, "\n"+want) {
+		t.Errorf("%s: %s", r.Text, shown(r.Err))
+	}
+}
+
 // Texts of which a command cannot be added: those ahead of it are, those behind it are not, whatever they are.
 func TestNotAllAdded(t *testing.T) {
 	commands := []string{"axiom A : Prop.\n", "axiom a : A.\n", "inductive Nat : Type | zero : Nat | succ : Nat -> Nat. ", "def id.{u} {B : Sort u} (b : B) : B := b. ", "theorem t : A := id a. ", "theorem s : A -> A by intro h; exact h. "}
@@ -182,6 +198,26 @@ func TestFuel(t *testing.T) {
 		if r.Added == 8 {
 			is(t, last, r, 6, []string{"add", "Eq"}, "FTired at "+strconv.Itoa(len(text)-len(last)))
 		}
+	}
+}
+
+// With each fuel from none on, as much of the library and of the book is added as there are steps for, never less with more; the
+// kernel and the small checker find it right with that fuel.
+func TestLittleFuel(t *testing.T) {
+	t.Parallel()
+	text := lib.Text() + book
+	cs := parsed(t, text)
+	added := 0
+	for fuel := 0; added < len(cs); fuel += 1 + fuel/20 {
+		if fuel > 3000 {
+			t.Fatalf("with %d steps only %d of %d are added", fuel, added, len(cs))
+		}
+		r := prover.Process(text, fuel)
+		if r.Added < added || r.Added < len(cs) && shown(r.Err) != "FTired at "+strconv.Itoa(cs[r.Added].At) {
+			t.Errorf("with %d steps %d of %d are added, %s", fuel, r.Added, len(cs), shown(r.Err))
+		}
+		holds(t, "the book", r, fuel, max(r.Added-1, 0))
+		added = r.Added
 	}
 }
 
